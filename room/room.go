@@ -1,0 +1,40 @@
+// Package room is for the tests of all layers: what is handed in is not changed, its spare room neither, and no two lists of one answer share memory.
+package room
+
+import (
+	"bytes"
+)
+
+// Of tells a list of some bytes with marked spare room behind it, and what tells whether all of that is as it was.
+func Of(p ...byte) ([]byte, func() bool) {
+	whole := append(bytes.Clone(p), 170, 171, 172, 173)
+	before := bytes.Clone(whole)
+	return whole[:len(p)], func() bool { return bytes.Equal(whole, before) }
+}
+
+// Shared tells the first place of a list that shares memory with one ahead of it, or -1; it writes over the lists.
+func Shared(lists ...[]byte) int {
+	kept := make([][]byte, len(lists))
+	for k, list := range lists {
+		kept[k] = bytes.Clone(whole(list))
+	}
+	for k, list := range lists {
+		if !bytes.Equal(whole(list), kept[k]) {
+			return k
+		}
+		turn(whole(list))
+	}
+	return -1
+}
+
+// whole tells a list with its spare room, as a later append would write there.
+func whole(list []byte) []byte {
+	return list[:cap(list)]
+}
+
+// turn changes each byte.
+func turn(list []byte) {
+	for k := range list {
+		list[k] ^= 255
+	}
+}

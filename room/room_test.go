@@ -1,0 +1,56 @@
+package room
+
+import (
+	"bytes"
+	"testing"
+)
+
+func TestOfSeesChanges(t *testing.T) {
+	for _, p := range [][]byte{nil, {7}, {1, 2, 3}} {
+		list, unchanged := Of(p...)
+		if !bytes.Equal(list, p) || cap(list) <= len(list) || !unchanged() {
+			t.Fatalf("Of %v: %v", p, list)
+		}
+		for k := range whole(list)[:len(p)+4] {
+			whole(list)[k] ^= 1
+			if unchanged() {
+				t.Errorf("Of %v: a change at place %d is not seen", p, k)
+			}
+			whole(list)[k] ^= 1
+		}
+		if !unchanged() {
+			t.Errorf("Of %v: changed back", p)
+		}
+	}
+}
+
+func TestOfIsACopy(t *testing.T) {
+	p := []byte{1, 2, 3, 4, 5, 6, 7, 8}
+	list, unchanged := Of(p[:3]...)
+	p[0] = 9
+	if !unchanged() || Shared(p, list) != -1 {
+		t.Error("Of shares memory with what it was given")
+	}
+}
+
+func TestShared(t *testing.T) {
+	buffer := func() []byte { return []byte{1, 2, 3, 4, 5, 6} }
+	a, b, c, d := buffer(), buffer(), buffer(), buffer()
+	for _, test := range []struct {
+		name  string
+		lists [][]byte
+		want  int
+	}{
+		{"none", nil, -1},
+		{"nil and empty ones", [][]byte{nil, {}, nil, {}}, -1},
+		{"apart", [][]byte{{1, 2}, {1, 2}, {}, {3}}, -1},
+		{"the same twice", [][]byte{{1}, a, {2}, a}, 3},
+		{"a spare room ahead", [][]byte{b[:2], b[2:4:4]}, 1},
+		{"a spare room behind", [][]byte{c[2:4:4], {1}, c[:2]}, 2},
+		{"pieces apart", [][]byte{d[:2:2], d[2:4:4], d[4:]}, -1},
+	} {
+		if got := Shared(test.lists...); got != test.want {
+			t.Errorf("%s: %d, want %d", test.name, got, test.want)
+		}
+	}
+}

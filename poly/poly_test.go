@@ -5,6 +5,7 @@ import (
 	"testing"
 
 	"sherd/gf"
+	"sherd/room"
 )
 
 // lists are polynomials of all kinds of lengths, with noughts ahead, between and behind.
@@ -364,26 +365,11 @@ func TestOverLeavesTheValue(t *testing.T) {
 
 // The rules that hold everywhere, of each call.
 
-// room is a list with spare room behind it, all of it marked.
-func room(p ...byte) ([]byte, func() bool) {
-	whole := append(append([]byte{}, p...), 170, 171, 172, 173)
-	before := bytes.Clone(whole)
-	return whole[:len(p)], func() bool { return bytes.Equal(whole, before) }
-}
-
-// spoil writes over a list, and over its spare room.
-func spoil(p []byte) {
-	p = p[:cap(p)]
-	for k := range p {
-		p[k] ^= 255
-	}
-}
-
 func TestListsAreLeftAloneAndNotShared(t *testing.T) {
 	f := gf.New()
-	p, wholeP := room(5, 4, 3)
-	q, wholeQ := room(9, 1)
-	none, wholeNone := room()
+	p, wholeP := room.Of(5, 4, 3)
+	q, wholeQ := room.Of(9, 1)
+	none, wholeNone := room.Of()
 	answers := [][]byte{
 		Sum(p, q), Sum(q, p), Sum(p, none), Sum(none, p), Sum(p, nil), Sum(nil, p), Sum(none, none),
 		Scale(f, p, 7), Scale(f, p, 1), Scale(f, p, 0), Scale(f, none, 3),
@@ -399,15 +385,8 @@ func TestListsAreLeftAloneAndNotShared(t *testing.T) {
 	Eval(f, p, 3)
 	Degree(p)
 	Degree(none)
-	kept := make([][]byte, len(answers))
-	for k := range answers {
-		kept[k] = bytes.Clone(answers[k])
-	}
-	for k := range answers {
-		if !bytes.Equal(answers[k], kept[k]) {
-			t.Errorf("answer %d shares memory with one ahead of it", k)
-		}
-		spoil(answers[k])
+	if k := room.Shared(answers...); k >= 0 {
+		t.Errorf("answer %d shares memory with one ahead of it", k)
 	}
 	if !wholeP() || !wholeQ() || !wholeNone() {
 		t.Error("a list that was handed in, or its spare room, was changed")

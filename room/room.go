@@ -3,6 +3,7 @@ package room
 
 import (
 	"bytes"
+	"slices"
 )
 
 // Of tells a list of some bytes with marked spare room behind it, and what tells whether all of that is as it was.
@@ -10,6 +11,31 @@ func Of(p ...byte) ([]byte, func() bool) {
 	whole := append(bytes.Clone(p), 170, 171, 172, 173)
 	before := bytes.Clone(whole)
 	return whole[:len(p)], func() bool { return bytes.Equal(whole, before) }
+}
+
+// Rows tells a list of lists of some bytes, each with marked spare room behind it, the list of them too, and what tells whether all of that is as it was.
+func Rows(rows ...[]byte) ([][]byte, func() bool) {
+	var list [][]byte
+	var unchanged []func() bool
+	for _, row := range append(slices.Clone(rows), []byte{174}, []byte{175}) {
+		marked, same := Of(row...)
+		list = append(list, marked)
+		unchanged = append(unchanged, same)
+	}
+	before := slices.Clone(list)
+	return list[:len(rows)], func() bool {
+		for k, same := range unchanged {
+			if !isList(list[k], before[k]) || !same() {
+				return false
+			}
+		}
+		return true
+	}
+}
+
+// isList tells whether two lists, which have spare room, are one.
+func isList(a, b []byte) bool {
+	return len(a) == len(b) && cap(a) == cap(b) && cap(a) > 0 && &whole(a)[0] == &whole(b)[0]
 }
 
 // Shared tells the first place of a list that shares memory with one ahead of it, or -1; it writes over the lists.

@@ -2,6 +2,7 @@ package room
 
 import (
 	"bytes"
+	"slices"
 	"testing"
 )
 
@@ -30,6 +31,50 @@ func TestOfIsACopy(t *testing.T) {
 	p[0] = 9
 	if !unchanged() || Shared(p, list) != -1 {
 		t.Error("Of shares memory with what it was given")
+	}
+}
+
+func TestRowsSeesChanges(t *testing.T) {
+	for _, rows := range [][][]byte{nil, {nil}, {{7}}, {{1, 2}, {}, {1, 2}}} {
+		list, unchanged := Rows(rows...)
+		if !slices.EqualFunc(list, rows, bytes.Equal) || cap(list) < len(list)+2 || !unchanged() {
+			t.Fatalf("Rows of %v: %v", rows, list)
+		}
+		all := list[:len(list)+2]
+		for k, row := range all {
+			whole(row)[len(row)]++
+			if unchanged() {
+				t.Errorf("Rows of %v: a change behind list %d is not seen", rows, k)
+			}
+			whole(row)[len(row)]--
+			for _, other := range [][]byte{nil, bytes.Clone(row), row[:0:0], whole(row)} {
+				all[k] = other
+				if unchanged() {
+					t.Errorf("Rows of %v: another list at place %d is not seen", rows, k)
+				}
+			}
+			all[k] = row
+		}
+		if !unchanged() {
+			t.Errorf("Rows of %v: changed back", rows)
+		}
+	}
+}
+
+func TestRowsSeesTwoListsChangePlaces(t *testing.T) {
+	list, unchanged := Rows([]byte{1, 2}, []byte{1, 2})
+	list[0], list[1] = list[1], list[0]
+	if unchanged() {
+		t.Error("two lists that have changed places are not seen")
+	}
+}
+
+func TestRowsIsACopy(t *testing.T) {
+	rows := [][]byte{{1, 2}, {3}}
+	list, unchanged := Rows(rows...)
+	rows[0][0], rows[1] = 9, nil
+	if !unchanged() || Shared(append(list, rows...)...) != -1 {
+		t.Error("Rows shares memory with what it was given")
 	}
 }
 

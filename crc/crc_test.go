@@ -23,17 +23,6 @@ func slowSum(b []byte) uint32 {
 	return rest ^ math.MaxUint32
 }
 
-// someBytes is a list of n bytes, which hangs on seed.
-func someBytes(n, seed int) []byte {
-	list := make([]byte, n)
-	state := uint32(seed)*2654435761 + 12345
-	for k := range list {
-		state = state*1664525 + 1013904223
-		list[k] = byte(state >> 24)
-	}
-	return list
-}
-
 // lists are bytes of all kinds of lengths, with noughts and full bytes ahead, between and behind.
 func lists() [][]byte {
 	all := [][]byte{
@@ -41,7 +30,7 @@ func lists() [][]byte {
 		{0, 0, 0, 0, 0}, {7, 0, 0, 0, 0, 9}, []byte("123456789"), make([]byte, 300), bytes.Repeat([]byte{255}, 300),
 	}
 	for _, n := range []int{3, 4, 5, 7, 8, 9, 48, 59, 60, 61, 64, 240, 255, 256, 257, 600, 5000} {
-		all = append(all, someBytes(n, n))
+		all = append(all, room.Some(n, n))
 	}
 	return all
 }
@@ -103,13 +92,13 @@ func TestSumOfAllLengths(t *testing.T) {
 	c := New()
 	for n := range 700 {
 		for seed := range 3 {
-			b := someBytes(n, seed*1000+n)
+			b := room.Some(n, seed*1000+n)
 			if got, want := c.Sum(b), slowSum(b); got != want || got != crc32.ChecksumIEEE(b) {
 				t.Errorf("Sum of %d bytes: %#x, want %#x", n, got, want)
 			}
 		}
 	}
-	long := someBytes(1<<20+3, 9)
+	long := room.Some(1<<20+3, 9)
 	if got, want := c.Sum(long), crc32.ChecksumIEEE(long); got != want {
 		t.Errorf("Sum of a long list: %#x, want %#x", got, want)
 	}
@@ -117,7 +106,7 @@ func TestSumOfAllLengths(t *testing.T) {
 
 func TestSumOfParts(t *testing.T) {
 	c := New()
-	for _, b := range [][]byte{nil, {7}, {0, 0, 0}, []byte("123456789"), someBytes(40, 1)} {
+	for _, b := range [][]byte{nil, {7}, {0, 0, 0}, []byte("123456789"), room.Some(40, 1)} {
 		want := slowSum(b)
 		for i := range len(b) + 1 {
 			for k := i; k <= len(b); k++ {
@@ -134,7 +123,7 @@ func TestSumOfParts(t *testing.T) {
 
 func TestSumOfAnyNumberOfParts(t *testing.T) {
 	c := New()
-	b := someBytes(3000, 2)
+	b := room.Some(3000, 2)
 	for n := range 3001 {
 		var parts [][]byte
 		for k := range n {
@@ -292,7 +281,7 @@ func TestWhatIsSealedIsGood(t *testing.T) {
 		}
 	}
 	for n := range 700 {
-		if !c.Good(c.Seal(someBytes(n, n))) {
+		if !c.Good(c.Seal(room.Some(n, n))) {
 			t.Errorf("Good of Seal of %d bytes: false", n)
 		}
 	}
@@ -301,7 +290,7 @@ func TestWhatIsSealedIsGood(t *testing.T) {
 // places calls check with bits of what was sealed from which on some turn: all of a short list, the ends and the border of a long one.
 func places(c *Table, check func(sealed []byte, bit int)) {
 	for _, n := range []int{0, 1, 3, 4, 60, 300} {
-		sealed := c.Seal(someBytes(n, n+1))
+		sealed := c.Seal(room.Some(n, n+1))
 		for bit := range 8 * len(sealed) {
 			if n < 60 || bit < 70 || bit > 8*n-70 || bit%61 == 0 {
 				check(sealed, bit)
@@ -346,7 +335,7 @@ func TestTurnedBitsOfAllWidths(t *testing.T) {
 func TestTurnedBitsInNoMask(t *testing.T) {
 	c := New()
 	for _, n := range []int{0, 1, 4, 60, 300} {
-		sealed := c.Seal(someBytes(n, n+2))
+		sealed := c.Seal(room.Some(n, n+2))
 		for bit := range 8*len(sealed) - 31 {
 			var least [32]uint32 // by its highest bit: what some mask does
 			for k := range 32 {
@@ -377,7 +366,7 @@ func whatTurns(c *Table, list []byte) uint32 {
 func TestThePolynomialTurns33Bits(t *testing.T) {
 	c := New()
 	for _, n := range []int{1, 2, 60} {
-		sealed := c.Seal(someBytes(n, n+3))
+		sealed := c.Seal(room.Some(n, n+3))
 		for bit := range 8*len(sealed) - 32 {
 			if !c.Good(turned(sealed, bit, 1|0xEDB88320<<1)) {
 				t.Errorf("of %d bytes the polynomial's bits from %d on turn, and it is not Good", len(sealed), bit)

@@ -37,17 +37,6 @@ func twiceLists() [][]byte {
 	}
 }
 
-// someList is a list of n bytes, which hangs on seed.
-func someList(n, seed int) []byte {
-	list := make([]byte, n)
-	state := uint32(seed)*2654435761 + 12345
-	for k := range list {
-		state = state*1664525 + 1013904223
-		list[k] = byte(state >> 24)
-	}
-	return list
-}
-
 // valueLists are lists of n values: noughts, ones, the greatest ones, one alone, and mixed ones.
 func valueLists(n int) [][]byte {
 	lists := [][]byte{make([]byte, n), bytes.Repeat([]byte{1}, n), bytes.Repeat([]byte{255}, n)}
@@ -56,7 +45,7 @@ func valueLists(n int) [][]byte {
 		first[0], last[n-1] = 255, 1
 		lists = append(lists, first, last)
 	}
-	return append(lists, someList(n, n), someList(n, n+1000))
+	return append(lists, room.Some(n, n), room.Some(n, n+1000))
 }
 
 // eachThrough calls check with all lists of points, and of values for each.
@@ -179,7 +168,7 @@ func TestAtIsThroughsValue(t *testing.T) {
 func TestTwoPointsThatAreTheSame(t *testing.T) {
 	f := gf.New()
 	for _, xs := range twiceLists() {
-		for _, ys := range [][]byte{make([]byte, len(xs)), someList(len(xs), 3), bytes.Clone(xs), nil, {1}} {
+		for _, ys := range [][]byte{make([]byte, len(xs)), room.Some(len(xs), 3), bytes.Clone(xs), nil, {1}} {
 			if p, ok := Through(f, xs, ys); ok || len(p) != 0 {
 				t.Errorf("Through %v with %v: %v, %v", xs, ys, p, ok)
 			}
@@ -286,7 +275,7 @@ func TestWeightsTellTheValueOfEachPolynomial(t *testing.T) {
 				t.Fatalf("Weights of %v at %d: false", xs, x)
 			}
 			for places := range len(xs) + 1 { // fewer places than points, too
-				p := someList(places, places+int(x))
+				p := room.Some(places, places+int(x))
 				if got, want := f.Dot(weights, valuesOf(f, p, xs)), poly.Eval(f, p, x); got != want {
 					t.Errorf("of %v at %d the weights tell of %v: %d, want %d", xs, x, p, got, want)
 				}
@@ -342,7 +331,7 @@ func TestThroughTellsThePolynomialItself(t *testing.T) {
 			}
 		}
 		if len(xs) > 1 {
-			p := someList(len(xs)/2, 5) // of fewer places: noughts are behind it
+			p := room.Some(len(xs)/2, 5) // of fewer places: noughts are behind it
 			got, ok := Through(f, xs, valuesOf(f, p, xs))
 			if !ok || !bytes.Equal(got, append(p, make([]byte, len(xs)-len(p))...)) {
 				t.Errorf("Through %v, of %v: %v, %v", xs, p, got, ok)

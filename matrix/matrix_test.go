@@ -17,22 +17,11 @@ func same(a, b [][]byte) bool {
 	return slices.EqualFunc(a, b, bytes.Equal)
 }
 
-// someRow is a list of n bytes, which hangs on seed.
-func someRow(n, seed int) []byte {
-	row := make([]byte, n)
-	state := uint32(seed)*2654435761 + 12345
-	for k := range row {
-		state = state*1664525 + 1013904223
-		row[k] = byte(state >> 24)
-	}
-	return row
-}
-
 // someMatrix is a matrix of some rows of a width, which hangs on seed.
 func someMatrix(rows, wide, seed int) [][]byte {
 	a := make([][]byte, rows)
 	for i := range a {
-		a[i] = someRow(wide, seed*1000+i)
+		a[i] = room.Some(wide, seed*1000+i)
 	}
 	return a
 }
@@ -136,7 +125,7 @@ func TestApplyOfAllSizes(t *testing.T) {
 	f := gf.New()
 	for _, rows := range []int{0, 1, 2, 5, 40, 300} {
 		for _, wide := range []int{0, 1, 3, 40, 300} {
-			a, v := someMatrix(rows, wide, 1), someRow(wide, 2)
+			a, v := someMatrix(rows, wide, 1), room.Some(wide, 2)
 			if got, ok := Apply(f, a, v); !ok || !bytes.Equal(got, slowApply(f, a, v)) {
 				t.Errorf("Apply of %d rows of %d: %v, %v", rows, wide, got, ok)
 			}
@@ -213,7 +202,7 @@ func TestMulOfAllSizes(t *testing.T) {
 
 func TestMulIsApplyTwice(t *testing.T) {
 	f := gf.New()
-	a, b, v := someMatrix(4, 6, 5), someMatrix(6, 5, 6), someRow(5, 7)
+	a, b, v := someMatrix(4, 6, 5), someMatrix(6, 5, 6), room.Some(5, 7)
 	product, ok := Mul(f, a, b)
 	inner, _ := Apply(f, b, v)
 	want, _ := Apply(f, a, inner)
@@ -481,7 +470,7 @@ func TestPowersOfAllBytes(t *testing.T) {
 
 func TestPowersApplyTellsValues(t *testing.T) {
 	f := gf.New()
-	xs, p := allBytes(), someRow(40, 11)
+	xs, p := allBytes(), room.Some(40, 11)
 	values, ok := Apply(f, Powers(f, xs, len(p)), p)
 	for i, x := range xs {
 		if !ok || values[i] != poly.Eval(f, p, x) {
@@ -500,7 +489,7 @@ func TestInverseOfPowersTellsThePolynomial(t *testing.T) {
 		if !ok {
 			t.Fatalf("Powers of %v have no Inverse", xs)
 		}
-		for _, ys := range [][]byte{make([]byte, len(xs)), someRow(len(xs), 12), bytes.Repeat([]byte{255}, len(xs))} {
+		for _, ys := range [][]byte{make([]byte, len(xs)), room.Some(len(xs), 12), bytes.Repeat([]byte{255}, len(xs))} {
 			want, _ := lagr.Through(f, xs, ys)
 			if got, ok := Apply(f, inverse, ys); !ok || !bytes.Equal(got, want) {
 				t.Errorf("through %v with %v: %v, %v, want %v", xs, ys, got, ok, want)

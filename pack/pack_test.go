@@ -10,17 +10,6 @@ import (
 	"sherd/room"
 )
 
-// someBytes is a list of n bytes, which hangs on seed.
-func someBytes(n, seed int) []byte {
-	list := make([]byte, n)
-	state := uint32(seed)*2654435761 + 12345
-	for k := range list {
-		state = state*1664525 + 1013904223
-		list[k] = byte(state >> 24)
-	}
-	return list
-}
-
 // widths are how many bytes may be asked for, and how many a number then has.
 func widths() map[int]int {
 	return map[int]int{
@@ -125,7 +114,7 @@ func TestNumOfAllWidths(t *testing.T) {
 }
 
 func TestRawOfBytes(t *testing.T) {
-	for _, b := range [][]byte{nil, {}, {0}, {255}, {9, 8}, {0, 0, 0}, someBytes(255, 1), someBytes(256, 2), someBytes(257, 3), someBytes(100000, 4)} {
+	for _, b := range [][]byte{nil, {}, {0}, {255}, {9, 8}, {0, 0, 0}, room.Some(255, 1), room.Some(256, 2), room.Some(257, 3), room.Some(100000, 4)} {
 		if got := written(func(w *Writer) { w.Raw(b) }); !bytes.Equal(got, b) {
 			t.Errorf("Raw of %d bytes: %d others", len(b), len(got))
 		}
@@ -145,7 +134,7 @@ func TestTextOfAllLengths(t *testing.T) {
 		lengths = append(lengths, n)
 	}
 	for _, n := range lengths {
-		b := someBytes(n, n)
+		b := room.Some(n, n)
 		got := written(func(w *Writer) { w.Text(b) })
 		if want := textBytes(b); !bytes.Equal(got, want) {
 			t.Errorf("Text of %d bytes: %v, want %v", n, got, want)
@@ -157,7 +146,7 @@ func TestWhatIsWrittenIsPutBehind(t *testing.T) {
 	var w Writer
 	var want []byte
 	for turn := range 400 {
-		switch b := someBytes(turn*7%290, turn); turn % 5 {
+		switch b := room.Some(turn*7%290, turn); turn % 5 {
 		case 0:
 			w.Num(turn%7-1, turn*1000003)
 			want = append(want, numberBytes(min(max(turn%7-1, 1), 4), turn*1000003)...)
@@ -231,7 +220,7 @@ func TestNoWriter(t *testing.T) {
 	none.Raw([]byte{1, 2})
 	none.Raw(nil)
 	none.Text([]byte("xyz"))
-	none.Text(someBytes(300, 1))
+	none.Text(room.Some(300, 1))
 	if got := none.Bytes(); len(got) != 0 {
 		t.Errorf("Bytes of no Writer: %v", got)
 	}
@@ -335,7 +324,7 @@ func TestNumOfTheNextBytes(t *testing.T) {
 func TestNumOfAllWidthsAndLengths(t *testing.T) {
 	for k, wide := range widths() {
 		for n := range 9 {
-			b := someBytes(n, n+wide)
+			b := room.Some(n, n+wide)
 			r, s := Read(b), &slowReader{b: b, good: true}
 			for range 4 {
 				if got, want := r.Num(k), s.num(wide); got != want {
@@ -362,7 +351,7 @@ func TestNumOfBytesThatLack(t *testing.T) {
 }
 
 func TestRawOfTheNextBytes(t *testing.T) {
-	b := someBytes(12, 5)
+	b := room.Some(12, 5)
 	for first := -2; first <= 14; first++ {
 		for second := -2; second <= 14; second++ {
 			r, s := Read(b), &slowReader{b: b, good: true}
@@ -399,7 +388,7 @@ func TestRawOfNumbersAtTheEnds(t *testing.T) {
 
 func TestTextOfTheNextBytes(t *testing.T) {
 	for n := range 256 {
-		text := someBytes(n, n)
+		text := room.Some(n, n)
 		for _, behind := range [][]byte{nil, {0}, {3, 1, 2}} {
 			r := Read(slices.Concat([]byte{byte(n)}, text, behind))
 			if got := r.Text(); !bytes.Equal(got, text) || !r.Good() || r.Left() != len(behind) || r.Done() != (len(behind) == 0) {
@@ -453,8 +442,8 @@ func TestReadersOfAnyCalls(t *testing.T) {
 	wide := widths()
 	asked := []int{math.MinInt, -1, 0, 1, 2, 3, 4, 5, math.MaxInt}
 	for seed := range 3000 {
-		choices := someBytes(60, seed)
-		b := someBytes(int(choices[0])%40, seed+1)
+		choices := room.Some(60, seed)
+		b := room.Some(int(choices[0])%40, seed+1)
 		for k := range b {
 			b[k] %= 12 // so that texts are there
 		}
@@ -526,7 +515,7 @@ func TestNumbersAreReadBack(t *testing.T) {
 
 func TestBytesAndTextsAreReadBack(t *testing.T) {
 	for n := range 520 {
-		b := someBytes(n, n+7)
+		b := room.Some(n, n+7)
 		r := Read(written(func(w *Writer) { w.Raw(b) }))
 		if got := r.Raw(n); !bytes.Equal(got, b) || !r.Done() {
 			t.Errorf("Raw of %d bytes: read back %v, want %v; Done %v", n, got, b, r.Done())
@@ -541,12 +530,12 @@ func TestBytesAndTextsAreReadBack(t *testing.T) {
 func TestAnyCallsAreReadBack(t *testing.T) {
 	asked := []int{math.MinInt, -1, 0, 1, 2, 3, 4, 5, math.MaxInt}
 	for seed := range 500 {
-		choices := someBytes(2*(seed%40), seed)
+		choices := room.Some(2*(seed%40), seed)
 		var w Writer
 		var readBack []func(r *Reader) bool
 		for k := 0; k < len(choices); k += 2 {
 			n := int(choices[k+1])
-			b := someBytes(2*n, seed+k)
+			b := room.Some(2*n, seed+k)
 			switch choices[k] % 3 {
 			case 0:
 				wide := asked[n%len(asked)]
@@ -576,7 +565,7 @@ func TestAnyCallsAreReadBack(t *testing.T) {
 // The rules that hold everywhere, of each call.
 
 func TestListsAreLeftAlone(t *testing.T) {
-	for _, b := range [][]byte{nil, {}, {0}, {1, 9}, {3, 1, 2, 3}, {200, 1}, someBytes(300, 8)} {
+	for _, b := range [][]byte{nil, {}, {0}, {1, 9}, {3, 1, 2, 3}, {200, 1}, room.Some(300, 8)} {
 		list, unchanged := room.Of(b...)
 		var w Writer
 		for range 2 {

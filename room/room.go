@@ -1,10 +1,21 @@
-// Package room is for the tests of all layers: what is handed in is not changed, its spare room neither, and no two lists of one answer share memory.
+// Package room is for the tests of all layers: lists to hand in, whether they were changed, their spare room too, and whether lists share memory.
 package room
 
 import (
 	"bytes"
 	"slices"
 )
+
+// Some tells a list of n bytes of all kinds, which hang on seed alone.
+func Some(n, seed int) []byte {
+	list := make([]byte, n)
+	state := uint32(seed)*2654435761 + 12345
+	for k := range list {
+		state = state*1664525 + 1013904223
+		list[k] = byte(state >> 24) // the lower bits come again too soon
+	}
+	return list
+}
 
 // Of tells a list of some bytes with marked spare room behind it, and what tells whether all of that is as it was.
 func Of(p ...byte) ([]byte, func() bool) {

@@ -6,6 +6,29 @@ import (
 	"testing"
 )
 
+func TestSomeHangsOnSeedAlone(t *testing.T) {
+	for _, n := range []int{0, 1, 2, 60, 5000} {
+		for _, seed := range []int{-1, 0, 1, 1000} {
+			list, again := Some(n, seed), Some(n, seed)
+			if len(list) != n || !bytes.Equal(list, again) || Shared(list, again) != -1 {
+				t.Errorf("Some of %d bytes, seed %d: %d bytes, and then others, or the same list", n, seed, len(list))
+			}
+		}
+	}
+	if bytes.Equal(Some(60, 1), Some(60, 2)) {
+		t.Error("Some of two seeds: the same bytes")
+	}
+}
+
+func TestSomeTellsAllBytes(t *testing.T) {
+	list := Some(5000, 1)
+	for b := range 256 {
+		if !bytes.Contains(list, []byte{byte(b)}) {
+			t.Errorf("Some of 5000 bytes: no %d", b)
+		}
+	}
+}
+
 func TestOfSeesChanges(t *testing.T) {
 	for _, p := range [][]byte{nil, {7}, {1, 2, 3}} {
 		list, unchanged := Of(p...)

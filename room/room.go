@@ -19,9 +19,19 @@ func Some(n, seed int) []byte {
 
 // Of tells a list of some bytes with marked spare room behind it, and what tells whether all of that is as it was.
 func Of(p ...byte) ([]byte, func() bool) {
-	whole := append(bytes.Clone(p), 170, 171, 172, 173)
-	before := bytes.Clone(whole)
-	return whole[:len(p)], func() bool { return bytes.Equal(whole, before) }
+	return marked(p, 170, 171, 172, 173)
+}
+
+// Texts tells a list of some texts with marked spare room behind it, and what tells whether all of that is as it was.
+func Texts(p ...string) ([]string, func() bool) {
+	return marked(p, "spare 0", "spare 1", "spare 2", "spare 3")
+}
+
+// marked tells a list with marks in its spare room, and what tells whether all of that is as it was.
+func marked[T comparable](p []T, marks ...T) ([]T, func() bool) {
+	whole := slices.Concat(p, marks)
+	before := slices.Clone(whole)
+	return whole[:len(p)], func() bool { return slices.Equal(whole, before) }
 }
 
 // Rows tells a list of lists of some bytes, each with marked spare room behind it, the list of them too, and what tells whether all of that is as it was.

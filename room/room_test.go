@@ -48,6 +48,41 @@ func TestOfSeesChanges(t *testing.T) {
 	}
 }
 
+func TestTextsSeesChanges(t *testing.T) {
+	for _, p := range [][]string{nil, {""}, {"a", "b", "a"}} {
+		list, unchanged := Texts(p...)
+		if !slices.Equal(list, p) || cap(list) <= len(list) || !unchanged() {
+			t.Fatalf("Texts of %q: %q", p, list)
+		}
+		all := list[:len(p)+4]
+		for k, s := range all {
+			for _, other := range []string{"", s + "x", "other"} {
+				all[k] = other
+				if other != s && unchanged() {
+					t.Errorf("Texts of %q: %q at place %d is not seen", p, other, k)
+				}
+			}
+			all[k] = s
+		}
+		if !unchanged() {
+			t.Errorf("Texts of %q: changed back", p)
+		}
+	}
+}
+
+func TestTextsIsACopy(t *testing.T) {
+	p := []string{"a", "b", "c", "d", "e", "f"}
+	list, unchanged := Texts(p[:2]...)
+	p[0], p[2] = "x", "y"
+	if !unchanged() || !slices.Equal(list, []string{"a", "b"}) {
+		t.Error("Texts shares memory with what it was given")
+	}
+	list[1] = "z"
+	if p[1] != "b" {
+		t.Error("what was given shares memory with Texts")
+	}
+}
+
 func TestOfIsACopy(t *testing.T) {
 	p := []byte{1, 2, 3, 4, 5, 6, 7, 8}
 	list, unchanged := Of(p[:3]...)

@@ -27,6 +27,11 @@ func Texts(p ...string) ([]string, func() bool) {
 	return marked(p, "spare 0", "spare 1", "spare 2", "spare 3")
 }
 
+// Numbers tells a list of some numbers with marked spare room behind it, and what tells whether all of that is as it was.
+func Numbers(p ...int) ([]int, func() bool) {
+	return marked(p, -170, -171, -172, -173)
+}
+
 // marked tells a list with marks in its spare room, and what tells whether all of that is as it was.
 func marked[T comparable](p []T, marks ...T) ([]T, func() bool) {
 	whole := slices.Concat(p, marks)

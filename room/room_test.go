@@ -2,6 +2,7 @@ package room
 
 import (
 	"bytes"
+	"math"
 	"slices"
 	"testing"
 )
@@ -80,6 +81,41 @@ func TestTextsIsACopy(t *testing.T) {
 	list[1] = "z"
 	if p[1] != "b" {
 		t.Error("what was given shares memory with Texts")
+	}
+}
+
+func TestNumbersSeesChanges(t *testing.T) {
+	for _, p := range [][]int{nil, {0}, {1, 2, 1}, {math.MinInt, math.MaxInt}} {
+		list, unchanged := Numbers(p...)
+		if !slices.Equal(list, p) || cap(list) <= len(list) || !unchanged() {
+			t.Fatalf("Numbers of %v: %v", p, list)
+		}
+		all := list[:len(p)+4]
+		for k, n := range all {
+			for _, other := range []int{0, n + 1, -n, math.MaxInt32} {
+				all[k] = other
+				if other != n && unchanged() {
+					t.Errorf("Numbers of %v: %d at place %d is not seen", p, other, k)
+				}
+			}
+			all[k] = n
+		}
+		if !unchanged() {
+			t.Errorf("Numbers of %v: changed back", p)
+		}
+	}
+}
+
+func TestNumbersIsACopy(t *testing.T) {
+	p := []int{1, 2, 3, 4, 5, 6}
+	list, unchanged := Numbers(p[:2]...)
+	p[0], p[2] = 7, 8
+	if !unchanged() || !slices.Equal(list, []int{1, 2}) {
+		t.Error("Numbers shares memory with what it was given")
+	}
+	list[1] = 9
+	if p[1] != 2 {
+		t.Error("what was given shares memory with Numbers")
 	}
 }
 

@@ -32,90 +32,28 @@ func mayBe(p api.Plan) bool {
 		p.Slots >= 1 && p.Slots <= 256 && p.Tries >= 1 && p.Tries <= 64
 }
 
-// of is a plan with some slots and tries.
-func of(n, t, l, w int) api.Plan {
-	return api.Plan{N: n, T: t, L: l, W: w, Slots: 9, Tries: 4}
-}
-
-// eachSmall calls check with all plans that may be of at most most custodians.
-func eachSmall(most int, check func(p api.Plan)) {
-	for n := 2; n <= most; n++ {
-		for w := 2; w <= n; w++ {
-			for t := 1; t < w; t++ {
-				for l := 1; t+l <= w; l++ {
-					check(of(n, t, l, w))
-				}
-			}
-		}
-	}
-}
-
-// eachEdge calls check with all plans that may be whose N and L are 256 together, with the least and the greatest T and W, and one between.
-func eachEdge(check func(p api.Plan)) {
-	for l := 1; l < 128; l++ {
-		n := 256 - l
-		for _, t := range []int{1, (n-l)/2 + 1, n - l} {
-			if t > n-l {
-				continue
-			}
-			for _, w := range []int{t + l, (t + l + n) / 2, n} {
-				check(of(n, t, l, w))
-			}
-		}
-	}
-}
-
-// eachRight calls check with many plans that may be.
-func eachRight(check func(p api.Plan)) {
-	eachSmall(12, check)
-	eachEdge(check)
-	for _, slots := range []int{1, 2, 255, 256} {
-		for _, tries := range []int{1, 2, 63, 64} {
-			check(api.Plan{N: 4, T: 1, L: 2, W: 3, Slots: slots, Tries: tries})
-		}
-	}
-}
-
-// ends are numbers at the ends of some types' ranges, and about 0.
-func ends() []int {
-	return []int{math.MinInt, math.MinInt + 1, math.MinInt/2 - 1, math.MinInt / 2, math.MinInt32 - 1, math.MinInt32, -256, -255, -2, -1, 0,
-		math.MaxInt32, math.MaxInt32 + 1, math.MaxUint32, math.MaxUint32 + 1, math.MaxInt / 2, math.MaxInt/2 + 1, math.MaxInt - 256, math.MaxInt - 255, math.MaxInt - 1, math.MaxInt}
-}
-
-// wrong are plans that may not be: each breaks one bound or more.
-func wrong() []api.Plan {
-	all := []api.Plan{
-		{}, {N: 4, T: 1, L: 2, W: 3, Slots: 9}, {N: 4, T: 1, L: 2, W: 3, Tries: 4}, {Slots: 9, Tries: 4},
-		of(4, 0, 2, 3), of(4, -1, 2, 3), of(4, 1, 0, 3), of(4, 1, -1, 3), of(4, 2, -1, 3), of(4, -1, 2, 1), of(4, 0, 0, 0), of(0, 0, 0, 0), of(-4, -1, -2, -3),
-		of(4, 2, 2, 3), of(4, 1, 3, 3), of(4, 3, 1, 3), of(4, 1, 2, 5), of(2, 1, 2, 3), of(1, 1, 1, 1), of(2, 1, 1, 1), of(1, 1, 1, 2), of(4, 1, 2, 0), of(4, 1, 2, -3),
-		of(255, 1, 2, 3), of(256, 1, 1, 2), of(256, 1, 0, 2), of(254, 1, 3, 4), of(129, 1, 128, 129), of(128, 1, 129, 128), of(300, 1, 1, 2), of(512, 256, 256, 512), of(255, 254, 1, 256),
-		of(4, math.MaxInt, 1, 3), of(4, 1, math.MaxInt, 3), of(4, math.MaxInt, math.MaxInt, 3), of(4, 1<<62, 1<<62, 3), of(4, math.MaxInt, math.MinInt, 3), of(math.MaxInt, 1, 1, 2), of(math.MaxInt, 1, 1, math.MaxInt),
-		of(math.MinInt, 1, 1, 2), of(4, 1, 1, math.MinInt), of(math.MinInt, 1, 1, math.MinInt), of(math.MaxInt, math.MaxInt, math.MaxInt, math.MaxInt), of(math.MinInt, math.MinInt, math.MinInt, math.MinInt),
-		of(1<<32+4, 1, 2, 3), of(4, 1<<32+1, 2, 3), of(4, 1, 1<<32+2, 3), of(4, 1, 2, 1<<32+3), of(4+256, 1, 2, 3),
-	}
-	for _, n := range append(ends(), 257, 258, 512, 1<<32+9) {
-		all = append(all, api.Plan{N: 4, T: 1, L: 2, W: 3, Slots: n, Tries: 4})
-	}
-	for _, n := range append(ends(), 65, 66, 256, 1<<32+4) {
-		all = append(all, api.Plan{N: 4, T: 1, L: 2, W: 3, Slots: 9, Tries: n})
-	}
-	return all
-}
-
 // P8.1
 
 func TestRightOfKnownPlans(t *testing.T) {
 	for _, p := range []api.Plan{
 		{N: 4, T: 1, L: 2, W: 3, Slots: 9, Tries: 4}, {N: 2, T: 1, L: 1, W: 2, Slots: 1, Tries: 1}, {N: 2, T: 1, L: 1, W: 2, Slots: 256, Tries: 64},
-		of(255, 1, 1, 2), of(255, 254, 1, 255), of(255, 1, 1, 255), of(254, 1, 2, 3), of(254, 252, 2, 254), of(129, 2, 127, 129), of(129, 1, 127, 128), of(128, 1, 127, 128), of(5, 2, 2, 4), of(9, 4, 5, 9), of(9, 5, 4, 9),
+		room.Plan(255, 1, 1, 2), room.Plan(255, 254, 1, 255), room.Plan(255, 1, 1, 255), room.Plan(254, 1, 2, 3), room.Plan(254, 252, 2, 254), room.Plan(129, 2, 127, 129), room.Plan(129, 1, 127, 128), room.Plan(128, 1, 127, 128), room.Plan(5, 2, 2, 4), room.Plan(9, 4, 5, 9), room.Plan(9, 5, 4, 9),
 	} {
 		if !Right(p) {
 			t.Errorf("Right of %+v, which may be", p)
 		}
 	}
-	for _, p := range wrong() {
+	for _, p := range room.WrongPlans() {
 		if Right(p) {
 			t.Errorf("Right of %+v, which may not be", p)
+		}
+	}
+}
+
+func TestRightOfManyPlans(t *testing.T) {
+	for _, p := range room.RightPlans() {
+		if !Right(p) || !mayBe(p) {
+			t.Errorf("Right of %+v: %v, want %v", p, Right(p), mayBe(p))
 		}
 	}
 }
@@ -125,7 +63,7 @@ func TestRightOfAllSmallNumbers(t *testing.T) {
 		for seen := -2; seen <= 8; seen++ {
 			for l := -2; l <= 8; l++ {
 				for w := -2; w <= 8; w++ {
-					if p := of(n, seen, l, w); Right(p) != mayBe(p) {
+					if p := room.Plan(n, seen, l, w); Right(p) != mayBe(p) {
 						t.Fatalf("Right of %+v: %v", p, Right(p))
 					}
 				}
@@ -135,12 +73,12 @@ func TestRightOfAllSmallNumbers(t *testing.T) {
 }
 
 func TestRightOfNumbersAtTheEnds(t *testing.T) {
-	some := append(ends(), 1, 2, 3, 254, 255, 256, 257)
+	some := append(room.Ends(), 1, 2, 3, 254, 255, 256, 257)
 	for _, n := range some {
 		for _, seen := range some {
 			for _, l := range some {
 				for _, w := range some {
-					if p := of(n, seen, l, w); Right(p) != mayBe(p) {
+					if p := room.Plan(n, seen, l, w); Right(p) != mayBe(p) {
 						t.Fatalf("Right of %+v: %v", p, Right(p))
 					}
 				}
@@ -152,7 +90,7 @@ func TestRightOfNumbersAtTheEnds(t *testing.T) {
 func TestRightOfAllNAndL(t *testing.T) {
 	for n := range 260 {
 		for l := range 260 {
-			for _, p := range []api.Plan{of(n, 1, l, l+1), of(n, 1, l, n), of(n, n-l, l, n), of(n, n-l+1, l, n), of(n, 1, l, l), of(n, 1, l, n+1)} {
+			for _, p := range []api.Plan{room.Plan(n, 1, l, l+1), room.Plan(n, 1, l, n), room.Plan(n, n-l, l, n), room.Plan(n, n-l+1, l, n), room.Plan(n, 1, l, l), room.Plan(n, 1, l, n+1)} {
 				if Right(p) != mayBe(p) {
 					t.Fatalf("Right of %+v: %v", p, Right(p))
 				}
@@ -196,7 +134,7 @@ func TestPoint(t *testing.T) {
 			t.Errorf("Point of %d: %d", i, got)
 		}
 	}
-	for _, i := range append(ends(), 1<<16+2, 1<<32+2, 1<<32+256, math.MinInt+2, math.MinInt+256) {
+	for _, i := range append(room.Ends(), 1<<16+2, 1<<32+2, 1<<32+256, math.MinInt+2, math.MinInt+256) {
 		if got := Point(i); got != 0 {
 			t.Errorf("Point of %d: %d", i, got)
 		}
@@ -247,11 +185,11 @@ func TestKnownPlans(t *testing.T) {
 		all                   []int
 		need, quorum, dealers int
 	}{
-		{of(4, 1, 2, 3), []byte{4, 5}, []int{1, 2, 3, 4}, 3, 2, 2},
-		{of(5, 2, 2, 4), []byte{5, 6}, []int{1, 2, 3, 4, 5}, 4, 2, 3},
-		{of(2, 1, 1, 2), []byte{2}, []int{1, 2}, 2, 1, 2},
-		{of(6, 1, 3, 4), []byte{6, 7, 8}, []int{1, 2, 3, 4, 5, 6}, 4, 3, 2},
-		{of(7, 4, 1, 5), []byte{7}, []int{1, 2, 3, 4, 5, 6, 7}, 5, 3, 5},
+		{room.Plan(4, 1, 2, 3), []byte{4, 5}, []int{1, 2, 3, 4}, 3, 2, 2},
+		{room.Plan(5, 2, 2, 4), []byte{5, 6}, []int{1, 2, 3, 4, 5}, 4, 2, 3},
+		{room.Plan(2, 1, 1, 2), []byte{2}, []int{1, 2}, 2, 1, 2},
+		{room.Plan(6, 1, 3, 4), []byte{6, 7, 8}, []int{1, 2, 3, 4, 5, 6}, 4, 3, 2},
+		{room.Plan(7, 4, 1, 5), []byte{7}, []int{1, 2, 3, 4, 5, 6, 7}, 5, 3, 5},
 	} {
 		if got := Secrets(test.p); !bytes.Equal(got, test.secrets) {
 			t.Errorf("Secrets of %+v: %v, want %v", test.p, got, test.secrets)
@@ -272,7 +210,7 @@ func TestKnownPlans(t *testing.T) {
 }
 
 func TestSecrets(t *testing.T) {
-	eachRight(func(p api.Plan) {
+	for _, p := range room.RightPlans() {
 		got := Secrets(p)
 		if len(got) != p.L {
 			t.Fatalf("Secrets of %+v: %v", p, got)
@@ -282,17 +220,17 @@ func TestSecrets(t *testing.T) {
 				t.Fatalf("Secrets of %+v: %v", p, got)
 			}
 		}
-	})
-	if got := Secrets(of(255, 1, 1, 2)); !bytes.Equal(got, []byte{255}) {
+	}
+	if got := Secrets(room.Plan(255, 1, 1, 2)); !bytes.Equal(got, []byte{255}) {
 		t.Errorf("Secrets with N 255 and L 1: %v", got)
 	}
-	if got := Secrets(of(254, 1, 2, 3)); !bytes.Equal(got, []byte{254, 255}) {
+	if got := Secrets(room.Plan(254, 1, 2, 3)); !bytes.Equal(got, []byte{254, 255}) {
 		t.Errorf("Secrets with N 254 and L 2: %v", got)
 	}
 }
 
 func TestAllAndIs(t *testing.T) {
-	eachRight(func(p api.Plan) {
+	for _, p := range room.RightPlans() {
 		got := All(p)
 		if len(got) != p.N {
 			t.Fatalf("All of %+v: %v", p, got)
@@ -302,23 +240,23 @@ func TestAllAndIs(t *testing.T) {
 				t.Fatalf("All of %+v: %v", p, got)
 			}
 		}
-		for _, i := range append(ends(), 1, 2, p.N-1, p.N, p.N+1, p.N+2, p.N+p.L, 255, 256, 257, 258, 1<<32+1, 1<<32+p.N, p.N-256, p.N+256) {
+		for _, i := range append(room.Ends(), 1, 2, p.N-1, p.N, p.N+1, p.N+2, p.N+p.L, 255, 256, 257, 258, 1<<32+1, 1<<32+p.N, p.N-256, p.N+256) {
 			if Is(p, i) != slices.Contains(got, i) {
 				t.Fatalf("Is of %+v and %d: %v", p, i, Is(p, i))
 			}
 		}
-	})
-	eachSmall(5, func(p api.Plan) {
+	}
+	for _, p := range room.SmallPlans(5) {
 		for i := -300; i <= 600; i++ {
 			if want := i >= 1 && i <= p.N; Is(p, i) != want {
 				t.Fatalf("Is of %+v and %d: %v", p, i, !want)
 			}
 		}
-	})
+	}
 }
 
 func TestNeedQuorumAndDealers(t *testing.T) {
-	eachRight(func(p api.Plan) {
+	for _, p := range room.RightPlans() {
 		if got := Need(p); got != p.T+p.L {
 			t.Fatalf("Need of %+v: %d", p, got)
 		}
@@ -328,7 +266,7 @@ func TestNeedQuorumAndDealers(t *testing.T) {
 		if got := Dealers(p); got != p.T+1 {
 			t.Fatalf("Dealers of %+v: %d", p, got)
 		}
-	})
+	}
 }
 
 func TestStripesOfKnownSizes(t *testing.T) {
@@ -341,7 +279,7 @@ func TestStripesOfKnownSizes(t *testing.T) {
 		127: {1: 1, 126: 1, 127: 1, 128: 2, 240: 2},
 	} {
 		for size, want := range sizes {
-			if got := Stripes(of(128, 1, l, 128), size); got != want {
+			if got := Stripes(room.Plan(128, 1, l, 128), size); got != want {
 				t.Errorf("Stripes of %d bytes, with L %d: %d, want %d", size, l, got, want)
 			}
 		}
@@ -350,7 +288,7 @@ func TestStripesOfKnownSizes(t *testing.T) {
 
 func TestStripesOfAllSizes(t *testing.T) {
 	for l := 1; l <= 127; l++ {
-		p := of(129, 1, l, 129)
+		p := room.Plan(129, 1, l, 129)
 		for size := -300; size <= 600; size++ {
 			want := 0
 			if size <= 240 {
@@ -362,7 +300,7 @@ func TestStripesOfAllSizes(t *testing.T) {
 				t.Fatalf("Stripes of %d bytes, with L %d: %d, want %d", size, l, got, want)
 			}
 		}
-		for _, size := range append(ends(), 1<<32+1, 1<<32+240, math.MinInt+240) {
+		for _, size := range append(room.Ends(), 1<<32+1, 1<<32+240, math.MinInt+240) {
 			if got := Stripes(p, size); got != 0 {
 				t.Errorf("Stripes of %d bytes, with L %d: %d", size, l, got)
 			}
@@ -371,7 +309,7 @@ func TestStripesOfAllSizes(t *testing.T) {
 }
 
 func TestStripesHangOnLAlone(t *testing.T) {
-	eachRight(func(p api.Plan) {
+	for _, p := range room.RightPlans() {
 		for _, size := range []int{-1, 0, 1, p.L - 1, p.L, p.L + 1, 2 * p.L, 2*p.L + 1, 239, 240, 241} {
 			want := 0
 			if size >= 1 && size <= 240 {
@@ -381,11 +319,11 @@ func TestStripesHangOnLAlone(t *testing.T) {
 				t.Fatalf("Stripes of %+v and %d bytes: %d, want %d", p, size, got, want)
 			}
 		}
-	})
+	}
 }
 
 func TestNothingOfPlansThatMayNotBe(t *testing.T) {
-	for _, p := range wrong() {
+	for _, p := range room.WrongPlans() {
 		if got := Secrets(p); len(got) != 0 {
 			t.Errorf("Secrets of %+v, which may not be: %v", p, got)
 		}
@@ -395,7 +333,7 @@ func TestNothingOfPlansThatMayNotBe(t *testing.T) {
 		if need, quorum, dealers := Need(p), Quorum(p), Dealers(p); need != 0 || quorum != 0 || dealers != 0 {
 			t.Errorf("Need, Quorum and Dealers of %+v, which may not be: %d, %d, %d", p, need, quorum, dealers)
 		}
-		for _, n := range append(ends(), 1, 2, 3, 4, 5, 239, 240, 241, 255, 256) {
+		for _, n := range append(room.Ends(), 1, 2, 3, 4, 5, 239, 240, 241, 255, 256) {
 			if Is(p, n) || Stripes(p, n) != 0 {
 				t.Errorf("Is and Stripes of %+v, which may not be, and %d: %v, %d", p, n, Is(p, n), Stripes(p, n))
 			}
@@ -406,7 +344,7 @@ func TestNothingOfPlansThatMayNotBe(t *testing.T) {
 // P8.3
 
 func TestAllPointsAreUnlike(t *testing.T) {
-	eachRight(func(p api.Plan) {
+	for _, p := range room.RightPlans() {
 		var seen [256]bool
 		for _, point := range append(Points(All(p)...), Secrets(p)...) {
 			if seen[point] {
@@ -414,11 +352,11 @@ func TestAllPointsAreUnlike(t *testing.T) {
 			}
 			seen[point] = true
 		}
-	})
+	}
 }
 
 func TestOfAnyWAndAnyQuorumOneIsAmongBoth(t *testing.T) {
-	eachSmall(7, func(p api.Plan) {
+	for _, p := range room.SmallPlans(7) {
 		apart := false
 		for holders := range uint(1) << p.N {
 			if bits.OnesCount(holders) != p.W {
@@ -438,12 +376,12 @@ func TestOfAnyWAndAnyQuorumOneIsAmongBoth(t *testing.T) {
 		if !apart { // what is as good with fewer is no Quorum
 			t.Fatalf("of %+v any W and any %d have one together", p, Quorum(p)-1)
 		}
-	})
-	eachRight(func(p api.Plan) {
+	}
+	for _, p := range room.RightPlans() {
 		if p.W+Quorum(p) <= p.N || Quorum(p) > p.N {
 			t.Fatalf("of %+v the first W and the last %d custodians have none together", p, Quorum(p))
 		}
-	})
+	}
 }
 
 // The rules that hold everywhere, of each call.
@@ -468,8 +406,8 @@ func TestTheSpareRoomOfNumbersIsNotRead(t *testing.T) {
 
 func TestAnswersShareNoMemory(t *testing.T) {
 	who := []int{1, 2, 3, 4}
-	p := of(4, 1, 2, 3)
-	if k := room.Shared(Points(who...), Points(who...), Secrets(p), Secrets(p), Secrets(of(4, 1, 2, 4))); k >= 0 {
+	p := room.Plan(4, 1, 2, 3)
+	if k := room.Shared(Points(who...), Points(who...), Secrets(p), Secrets(p), Secrets(room.Plan(4, 1, 2, 4))); k >= 0 {
 		t.Errorf("list %d shares memory with one ahead of it", k)
 	}
 	first, second := All(p), All(p)

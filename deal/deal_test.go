@@ -12,72 +12,8 @@ import (
 
 var (
 	field    = gf.New()
-	products = allProducts()
+	products = room.NewProducts()
 )
-
-// allProducts tells all products of two bytes, by their words: sums of one byte's multiples with x to some powers.
-func allProducts() (all [256][256]byte) {
-	for a := range 256 {
-		for b := range 256 {
-			product := 0
-			for k := range 8 {
-				if b>>k&1 == 1 {
-					product ^= a << k
-				}
-			}
-			for k := 14; k >= 8; k-- {
-				if product>>k&1 == 1 {
-					product ^= 0x11b << (k - 8)
-				}
-			}
-			all[a][b] = byte(product)
-		}
-	}
-	return all
-}
-
-// over tells a quotient, by trying all bytes.
-func over(a, b byte) byte {
-	for c := range 256 {
-		if products[b][c] == a {
-			return byte(c)
-		}
-	}
-	panic("over 0")
-}
-
-// weights tell what the values at some points count at another point, by a quotient of two products.
-func weights(points []byte, x byte) []byte {
-	all := make([]byte, len(points))
-	for k, a := range points {
-		up, down := byte(1), byte(1)
-		for j, b := range points {
-			if j != k {
-				up, down = products[up][x^b], products[down][a^b]
-			}
-		}
-		all[k] = over(up, down)
-	}
-	return all
-}
-
-// dot tells a sum of products.
-func dot(a, b []byte) byte {
-	sum := byte(0)
-	for k := range a {
-		sum ^= products[a[k]][b[k]]
-	}
-	return sum
-}
-
-// secrets tell the points of a stripe's bytes.
-func secrets(p api.Plan) []byte {
-	var all []byte
-	for k := range p.L {
-		all = append(all, byte(p.N+k))
-	}
-	return all
-}
 
 // cost tells how many bytes of the tape some bytes need, by counting stripes.
 func cost(p api.Plan, size int) int {
@@ -91,8 +27,8 @@ func cost(p api.Plan, size int) int {
 // share tells the share of the custodian i, by the document's words, point by point, without polynomials.
 func share(p api.Plan, blob, tape []byte, i int) []byte {
 	x := byte(i - 1)
-	all := secrets(p)
-	w := weights(all, x)
+	all := room.Secrets(p)
+	w := products.Weights(all, x)
 	root := byte(1)
 	for _, s := range all {
 		root = products[root][x^s]
@@ -104,22 +40,11 @@ func share(p api.Plan, blob, tape []byte, i int) []byte {
 	var told []byte
 	for len(blob) > 0 {
 		n := min(p.L, len(blob))
-		through := dot(blob[:n], w[:n]) // what fills the last stripe up is 0, and adds nothing
-		told = append(told, through^products[root][dot(tape[:p.T], powers)])
+		through := products.Dot(blob[:n], w[:n]) // what fills the last stripe up is 0, and adds nothing
+		told = append(told, through^products[root][products.Dot(tape[:p.T], powers)])
 		blob, tape = blob[n:], tape[p.T:]
 	}
 	return told
-}
-
-// sizes are some about those where one more stripe begins, and about the least and the greatest one.
-func sizes(p api.Plan) []int {
-	var all []int
-	for _, n := range []int{0, 1, 2, p.L - 1, p.L, p.L + 1, 2 * p.L, 2*p.L + 1, 239, 240} {
-		if n >= 0 && n <= 240 && !slices.Contains(all, n) {
-			all = append(all, n)
-		}
-	}
-	return all
 }
 
 // tapes are some of n bytes: mixed ones, noughts, and the greatest ones.
@@ -130,11 +55,6 @@ func tapes(n int) [][]byte {
 // same tells whether two lists of shares are alike.
 func same(a, b [][]byte) bool {
 	return slices.EqualFunc(a, b, bytes.Equal)
-}
-
-// edgePlans are plans that may be, whose T, L, W and N are the least, the greatest, and some between.
-func edgePlans() []api.Plan {
-	return append(room.SmallPlans(6), room.Plan(12, 3, 5, 9), room.Plan(40, 20, 20, 40), room.Plan(255, 1, 1, 2), room.Plan(255, 254, 1, 255), room.Plan(129, 1, 127, 128), room.Plan(129, 2, 127, 129), room.Plan(192, 128, 64, 192))
 }
 
 // P10.1
@@ -212,8 +132,8 @@ func shares(p api.Plan, blob, tape []byte) [][]byte {
 }
 
 func TestDealByTheWords(t *testing.T) {
-	for _, p := range edgePlans() {
-		for _, size := range sizes(p) {
+	for _, p := range room.EdgePlans() {
+		for _, size := range room.Sizes(p.L) {
 			blob := room.Some(size, size)
 			for _, tape := range tapes(cost(p, size)) {
 				if got, e := Deal(field, p, blob, tape); e != api.OK || !same(got, shares(p, blob, tape)) {
@@ -241,7 +161,7 @@ func TestDealWithAllPlans(t *testing.T) {
 }
 
 func TestDealOfNothing(t *testing.T) {
-	for _, p := range edgePlans() {
+	for _, p := range room.EdgePlans() {
 		for _, none := range [][]byte{nil, {}, room.Some(9, 1)[:0]} {
 			for _, tape := range [][]byte{nil, {}, room.Some(9, 1)} {
 				got, e := Deal(field, p, none, tape)
@@ -254,7 +174,7 @@ func TestDealOfNothing(t *testing.T) {
 }
 
 func TestDealOfNoughts(t *testing.T) {
-	for _, p := range edgePlans() {
+	for _, p := range room.EdgePlans() {
 		if got, e := Deal(field, p, make([]byte, 7), make([]byte, cost(p, 7))); e != api.OK || !same(got, shares(p, make([]byte, 7), make([]byte, 7*p.T))) || bytes.ContainsFunc(slices.Concat(got...), func(r rune) bool { return r != 0 }) {
 			t.Errorf("Deal of noughts with %+v: %v, %d", p, got, e)
 		}
@@ -282,8 +202,8 @@ func TestDealTakesTheTapeStripeByStripe(t *testing.T) {
 }
 
 func TestWhatTheTapeHasMoreIsNotLookedAt(t *testing.T) {
-	for _, p := range edgePlans() {
-		for _, size := range sizes(p) {
+	for _, p := range room.EdgePlans() {
+		for _, size := range room.Sizes(p.L) {
 			blob, tape := room.Some(size, 3), room.Some(cost(p, size), 4)
 			want, _ := Deal(field, p, blob, tape)
 			for _, more := range [][]byte{{0}, {255}, room.Some(400, 5)} {
@@ -301,8 +221,8 @@ func TestWhatTheTapeHasMoreIsNotLookedAt(t *testing.T) {
 
 // eachShortTape calls check with blobs and tapes that have too few bytes for them.
 func eachShortTape(check func(p api.Plan, blob, tape []byte)) {
-	for _, p := range edgePlans() {
-		for _, size := range sizes(p) {
+	for _, p := range room.EdgePlans() {
+		for _, size := range room.Sizes(p.L) {
 			need := cost(p, size)
 			for _, n := range []int{0, 1, need - p.T, need - 2, need - 1} {
 				if n >= 0 && n < need {
@@ -325,7 +245,7 @@ func TestDealWithAShortTape(t *testing.T) {
 }
 
 func TestDealOfTooManyBytes(t *testing.T) {
-	for _, p := range edgePlans() {
+	for _, p := range room.EdgePlans() {
 		for _, size := range []int{241, 242, 256, 257, 496, 65536 + 240} {
 			for _, n := range []int{0, 1, 240, 1 << 17} { // ErrBig is told ahead of ErrEmpty
 				if got, e := Deal(field, p, make([]byte, size), make([]byte, n)); e != api.ErrBig || len(got) != 0 {
@@ -351,8 +271,8 @@ func TestDealWithAPlanThatMayNotBe(t *testing.T) {
 // P10.2
 
 func TestShareIsTheOneOfDeal(t *testing.T) {
-	for _, p := range edgePlans() {
-		for _, size := range sizes(p) {
+	for _, p := range room.EdgePlans() {
+		for _, size := range room.Sizes(p.L) {
 			if size > 2*p.L+1 && p.N > 100 {
 				continue // so many shares of so many bytes are too slow here
 			}
@@ -381,7 +301,7 @@ func TestShareByTheWords(t *testing.T) {
 }
 
 func TestShareOfNoCustodian(t *testing.T) {
-	for _, p := range edgePlans() {
+	for _, p := range room.EdgePlans() {
 		for _, i := range append(room.Ends(), p.N+1, p.N+2, p.N+p.L, p.N+256, p.N+257, 256, 257) {
 			for _, size := range []int{0, 1, 240, 241, 1000} { // ErrRange is told ahead of ErrBig and ErrEmpty
 				for _, n := range []int{0, cost(p, min(size, 240))} {
@@ -405,7 +325,7 @@ func TestShareWithAShortTape(t *testing.T) {
 }
 
 func TestShareOfTooManyBytes(t *testing.T) {
-	for _, p := range edgePlans() {
+	for _, p := range room.EdgePlans() {
 		for _, size := range []int{241, 242, 256, 257, 496, 65536 + 240} {
 			for _, n := range []int{0, 1, 240, 1 << 17} {
 				if got, e := Share(field, p, make([]byte, size), make([]byte, n), 1); e != api.ErrBig || len(got) != 0 {
@@ -432,21 +352,6 @@ func TestShareWithAPlanThatMayNotBe(t *testing.T) {
 
 // P10.3
 
-// eachChoice calls check with all choices of count of the numbers from 1 to n, rising.
-func eachChoice(n, count int, check func(who []int)) {
-	for set := range 1 << n {
-		var who []int
-		for i := range n {
-			if set>>i&1 == 1 {
-				who = append(who, i+1)
-			}
-		}
-		if len(who) == count {
-			check(who)
-		}
-	}
-}
-
 func TestAnyTAndLSharesTellTheBlob(t *testing.T) {
 	for _, p := range room.SmallPlans(6) {
 		blob := room.Some(3*p.L, p.N)
@@ -454,7 +359,7 @@ func TestAnyTAndLSharesTellTheBlob(t *testing.T) {
 		if e != api.OK {
 			t.Fatal(e)
 		}
-		eachChoice(p.N, p.T+p.L, func(who []int) {
+		room.EachChoice(p.N, p.T+p.L, func(who []int) {
 			var points []byte
 			for _, i := range who {
 				points = append(points, byte(i-1))
@@ -465,8 +370,8 @@ func TestAnyTAndLSharesTellTheBlob(t *testing.T) {
 				for _, i := range who {
 					ys = append(ys, all[i-1][k])
 				}
-				for _, s := range secrets(p) {
-					told = append(told, dot(weights(points, s), ys))
+				for _, s := range room.Secrets(p) {
+					told = append(told, products.Dot(products.Weights(points, s), ys))
 				}
 			}
 			if !bytes.Equal(told, blob) {
@@ -496,7 +401,7 @@ func seen(p api.Plan, blob []byte, who []int) []int {
 
 func TestTSharesTellNothing(t *testing.T) {
 	for _, p := range []api.Plan{room.Plan(2, 1, 1, 2), room.Plan(4, 1, 1, 3), room.Plan(4, 1, 3, 4), room.Plan(255, 1, 1, 2), room.Plan(3, 2, 1, 3)} {
-		eachChoice(min(p.N, 4), p.T, func(who []int) {
+		room.EachChoice(min(p.N, 4), p.T, func(who []int) {
 			for _, blob := range [][]byte{{0}, bytes.Repeat([]byte{7}, p.L)} {
 				for at, n := range seen(p, blob, who) {
 					if n != 1 {
@@ -511,8 +416,8 @@ func TestTSharesTellNothing(t *testing.T) {
 // The rules that hold everywhere, of each call.
 
 func TestWhatIsHandedInIsNotChanged(t *testing.T) {
-	for _, p := range edgePlans() {
-		for _, size := range append(sizes(p), 241) {
+	for _, p := range room.EdgePlans() {
+		for _, size := range append(room.Sizes(p.L), 241) {
 			blob, sameBlob := room.Of(room.Some(size, 1)...)
 			tape, sameTape := room.Of(room.Some(cost(p, min(size, 240)), 2)...)
 			for _, tape := range [][]byte{tape, tape[:len(tape)/2]} {
@@ -545,7 +450,7 @@ func TestSpareRoomIsNotRead(t *testing.T) {
 }
 
 func TestAnswersShareNoMemory(t *testing.T) {
-	for _, p := range edgePlans() {
+	for _, p := range room.EdgePlans() {
 		for _, size := range []int{0, 1, p.L + 1} {
 			blob, tape := room.Some(size, 1), room.Some(cost(p, size), 2)
 			first, _ := Deal(field, p, blob, tape)
@@ -564,7 +469,7 @@ func TestAnswersShareNoMemory(t *testing.T) {
 }
 
 func TestAnswersHangOnWhatIsHandedInAlone(t *testing.T) {
-	for _, p := range edgePlans() {
+	for _, p := range room.EdgePlans() {
 		blob, tape := room.Some(p.L+1, 1), room.Some(2*p.T, 2)
 		first, _ := Deal(field, p, blob, tape)
 		kept := shares(p, blob, tape)
@@ -576,7 +481,7 @@ func TestAnswersHangOnWhatIsHandedInAlone(t *testing.T) {
 }
 
 func TestNothingPanics(t *testing.T) {
-	for _, p := range slices.Concat(edgePlans(), room.WrongPlans()) {
+	for _, p := range slices.Concat(room.EdgePlans(), room.WrongPlans()) {
 		for _, f := range []*gf.Field{nil, {}, field} {
 			for _, blob := range [][]byte{nil, {}, {1}, room.Some(7, 1), make([]byte, 241)} {
 				for _, tape := range [][]byte{nil, {}, {1}, make([]byte, 2000)} {

@@ -3,6 +3,7 @@ package room
 import (
 	"math"
 	"math/bits"
+	"slices"
 
 	"sherd/api"
 )
@@ -39,6 +40,12 @@ func RightPlans() []api.Plan {
 		}
 	}
 	return all
+}
+
+// EdgePlans tells some plans that may be, whose T, L, W and N are the least, the greatest, and some between.
+func EdgePlans() []api.Plan {
+	return append(SmallPlans(6), Plan(12, 3, 5, 9), Plan(40, 20, 20, 40), Plan(255, 1, 1, 2), Plan(255, 254, 1, 255),
+		Plan(129, 1, 127, 128), Plan(129, 2, 127, 129), Plan(192, 128, 64, 192))
 }
 
 // widePlans tells plans whose N and L are 256 together, of each L, with the least and the greatest T and W, and one between.
@@ -79,4 +86,40 @@ func WrongPlans() []api.Plan {
 func Ends() []int {
 	return []int{math.MinInt, math.MinInt + 1, math.MinInt/2 - 1, math.MinInt / 2, -wide/2 - 1, -wide / 2, -256, -255, -2, -1, 0,
 		wide/2 - 1, wide / 2, wide - 1, wide, math.MaxInt / 2, math.MaxInt/2 + 1, math.MaxInt - 256, math.MaxInt - 255, math.MaxInt - 1, math.MaxInt}
+}
+
+// Secrets tells the points of a stripe's bytes, by their words.
+func Secrets(p api.Plan) []byte {
+	var all []byte
+	for k := range p.L {
+		all = append(all, byte(p.N+k))
+	}
+	return all
+}
+
+// Sizes tells sizes of blobs whose stripes have l bytes: some about those where one more stripe begins, and about the least and the greatest one.
+func Sizes(l int) []int {
+	var all []int
+	for _, n := range []int{0, 1, 2, l - 1, l, l + 1, 2*l - 1, 2 * l, 2*l + 1, 3 * l, 3*l + 1, api.MaxBlob - 1, api.MaxBlob} {
+		if n >= 0 && n <= api.MaxBlob && !slices.Contains(all, n) {
+			all = append(all, n)
+		}
+	}
+	return all
+}
+
+// EachChoice calls check with all choices of count of the numbers from 1 to n, rising.
+func EachChoice(n, count int, check func(who []int)) {
+	for set := range 1 << n {
+		if bits.OnesCount(uint(set)) != count {
+			continue
+		}
+		var who []int
+		for i := range n {
+			if set>>i&1 == 1 {
+				who = append(who, i+1)
+			}
+		}
+		check(who)
+	}
 }

@@ -1,6 +1,7 @@
 package room
 
 import (
+	"bytes"
 	"math"
 	"slices"
 	"testing"
@@ -10,7 +11,7 @@ import (
 )
 
 func TestPlansThatMayBe(t *testing.T) {
-	for _, p := range append(SmallPlans(9), RightPlans()...) {
+	for _, p := range slices.Concat(SmallPlans(9), RightPlans(), EdgePlans()) {
 		if !plan.Right(p) {
 			t.Errorf("%+v may not be", p)
 		}
@@ -65,6 +66,59 @@ func TestEndsAreUnlike(t *testing.T) {
 	for _, n := range []int{math.MinInt, -1, 0, math.MaxInt32, math.MaxUint32, math.MaxInt} {
 		if !slices.Contains(Ends(), n) {
 			t.Errorf("Ends: no %d", n)
+		}
+	}
+}
+
+func TestEdgePlansHaveTheEnds(t *testing.T) {
+	all := EdgePlans()
+	for name, met := range map[string]func(p api.Plan) bool{
+		"the least one":    func(p api.Plan) bool { return p == Plan(2, 1, 1, 2) },
+		"the greatest N":   func(p api.Plan) bool { return p.N == 255 },
+		"the greatest T":   func(p api.Plan) bool { return p.T == 254 },
+		"the greatest L":   func(p api.Plan) bool { return p.L == 127 },
+		"N more than Need": func(p api.Plan) bool { return p.N > p.W && p.W > p.T+p.L },
+	} {
+		if !slices.ContainsFunc(all, met) {
+			t.Errorf("EdgePlans: none with %s", name)
+		}
+	}
+}
+
+func TestSecrets(t *testing.T) {
+	for _, p := range append(RightPlans(), EdgePlans()...) {
+		if got := Secrets(p); !bytes.Equal(got, plan.Secrets(p)) {
+			t.Errorf("Secrets of %+v: %v", p, got)
+		}
+	}
+}
+
+func TestSizes(t *testing.T) {
+	for l := range 128 {
+		all := Sizes(l)
+		for _, n := range []int{0, 1, 2, l, l + 1, 239, 240} {
+			if !slices.Contains(all, n) {
+				t.Errorf("Sizes of %d: %v, without %d", l, all, n)
+			}
+		}
+		slices.Sort(all)
+		if len(slices.Compact(slices.Clone(all))) != len(all) || all[0] != 0 || all[len(all)-1] != 240 {
+			t.Errorf("Sizes of %d: %v", l, all)
+		}
+	}
+}
+
+func TestEachChoice(t *testing.T) {
+	for _, test := range []struct {
+		n, count int
+		want     [][]int
+	}{
+		{0, 0, [][]int{nil}}, {3, 0, [][]int{nil}}, {3, 1, [][]int{{1}, {2}, {3}}}, {3, 2, [][]int{{1, 2}, {1, 3}, {2, 3}}}, {3, 3, [][]int{{1, 2, 3}}}, {3, 4, nil}, {3, -1, nil},
+	} {
+		var got [][]int
+		EachChoice(test.n, test.count, func(who []int) { got = append(got, who) })
+		if !slices.EqualFunc(got, test.want, slices.Equal) {
+			t.Errorf("EachChoice of %d of %d: %v, want %v", test.count, test.n, got, test.want)
 		}
 	}
 }

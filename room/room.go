@@ -1,4 +1,4 @@
-// Package room is for the tests of all layers: lists to hand in, whether they were changed, their spare room too, whether lists share memory, and plans that may be and that may not be.
+// Package room is for the tests of all layers: lists to hand in, whether they were changed, their spare room too, whether lists share memory; plans that may be and that may not be, and sizes of blobs; arithmetic of bytes by its words.
 package room
 
 import (

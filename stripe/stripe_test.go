@@ -44,17 +44,6 @@ func zeros(count, l int) [][]byte {
 	return list
 }
 
-// sizes are some about those where one more stripe begins, and about the least and the greatest one.
-func sizes(l int) []int {
-	var all []int
-	for _, n := range []int{0, 1, 2, l - 1, l, l + 1, 2*l - 1, 2 * l, 2*l + 1, 3 * l, 3*l + 1, 239, 240} {
-		if n >= 0 && n <= 240 {
-			all = append(all, n)
-		}
-	}
-	return all
-}
-
 // P9.1
 
 func TestCutOfKnownBlobs(t *testing.T) {
@@ -105,7 +94,7 @@ func TestCutOfNothing(t *testing.T) {
 
 func TestCutHangsOnLAlone(t *testing.T) {
 	for _, p := range room.RightPlans() {
-		for _, size := range sizes(p.L) {
+		for _, size := range room.Sizes(p.L) {
 			b := room.Some(size, size)
 			if got, e := Cut(p, b); e != api.OK || !same(got, cut(p.L, b)) {
 				t.Fatalf("Cut of %d bytes with %+v: %v, %d", size, p, got, e)
@@ -185,7 +174,7 @@ func TestJoinOfAllSizes(t *testing.T) {
 
 func TestJoinHangsOnLAlone(t *testing.T) {
 	for _, p := range room.RightPlans() {
-		for _, size := range sizes(p.L) {
+		for _, size := range room.Sizes(p.L) {
 			list := full(p.L, size)
 			want := slices.Concat(list...)[:size]
 			if got, e := Join(p, list, size); e != api.OK || !bytes.Equal(got, want) {
@@ -197,7 +186,7 @@ func TestJoinHangsOnLAlone(t *testing.T) {
 
 func TestJoinOfNotAsManyStripes(t *testing.T) {
 	for l := 1; l <= most; l++ {
-		for _, size := range sizes(l) {
+		for _, size := range room.Sizes(l) {
 			right := (size + l - 1) / l
 			for _, count := range []int{0, 1, 2, right - 2, right - 1, right, right + 1, right + 2, 2 * right, 240, 241, right + 256} {
 				if count < 0 {
@@ -217,7 +206,7 @@ func TestJoinOfNotAsManyStripes(t *testing.T) {
 
 func TestJoinOfAStripeThatHasNotLBytes(t *testing.T) {
 	for _, l := range []int{1, 2, 3, 7, 64, 120, most} {
-		for _, size := range sizes(l) {
+		for _, size := range room.Sizes(l) {
 			list := full(l, size)
 			for k, s := range list {
 				for _, other := range [][]byte{nil, {}, s[:l-1], append(slices.Clone(s), 0), append(slices.Clone(s), s...), make([]byte, l+256)} {
@@ -286,7 +275,7 @@ func TestJoinOfCutIsTheBlob(t *testing.T) {
 
 func TestJoinOfCutIsTheBlobWithManyPlans(t *testing.T) {
 	for _, p := range room.RightPlans() {
-		for _, size := range sizes(p.L) {
+		for _, size := range room.Sizes(p.L) {
 			for _, b := range [][]byte{make([]byte, size), bytes.Repeat([]byte{255}, size), room.Some(size, p.L)} {
 				list, _ := Cut(p, b)
 				if got, e := Join(p, list, size); e != api.OK || !bytes.Equal(got, b) {
@@ -301,7 +290,7 @@ func TestJoinOfCutIsTheBlobWithManyPlans(t *testing.T) {
 
 func TestWhatIsHandedInIsNotChanged(t *testing.T) {
 	for _, l := range []int{1, 2, 3, 64, most} {
-		for _, size := range append(sizes(l), 241) {
+		for _, size := range append(room.Sizes(l), 241) {
 			b, sameBlob := room.Of(room.Some(size, l)...)
 			Cut(ofL(l), b)
 			Cut(api.Plan{}, b)
@@ -340,7 +329,7 @@ func TestSpareRoomIsNotRead(t *testing.T) {
 
 func TestAnswersShareNoMemory(t *testing.T) {
 	for _, l := range []int{1, 2, 3, 64, most} {
-		for _, size := range sizes(l) {
+		for _, size := range room.Sizes(l) {
 			b := room.Some(size, 1)
 			first, _ := Cut(ofL(l), b)
 			second, _ := Cut(ofL(l), b)

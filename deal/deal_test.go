@@ -28,33 +28,15 @@ func cost(p api.Plan, size int) int {
 func share(p api.Plan, blob, tape []byte, i int) []byte {
 	x := byte(i - 1)
 	all := room.Secrets(p)
-	w := products.Weights(all, x)
-	root := byte(1)
-	for _, s := range all {
-		root = products[root][x^s]
-	}
-	powers := []byte{1}
-	for len(powers) < p.T {
-		powers = append(powers, products[powers[len(powers)-1]][x])
-	}
+	w, root := products.Weights(all, x), products.Root(all, x)
 	var told []byte
 	for len(blob) > 0 {
 		n := min(p.L, len(blob))
 		through := products.Dot(blob[:n], w[:n]) // what fills the last stripe up is 0, and adds nothing
-		told = append(told, through^products[root][products.Dot(tape[:p.T], powers)])
+		told = append(told, through^products[root][products.Value(tape[:p.T], x)])
 		blob, tape = blob[n:], tape[p.T:]
 	}
 	return told
-}
-
-// tapes are some of n bytes: mixed ones, noughts, and the greatest ones.
-func tapes(n int) [][]byte {
-	return [][]byte{room.Some(n, n+1), make([]byte, n), bytes.Repeat([]byte{255}, n)}
-}
-
-// same tells whether two lists of shares are alike.
-func same(a, b [][]byte) bool {
-	return slices.EqualFunc(a, b, bytes.Equal)
 }
 
 // P10.1
@@ -116,7 +98,7 @@ func TestDealOfKnownBlobs(t *testing.T) {
 		{room.Plan(3, 1, 2, 3), []byte{3, 4}, []byte{0}, [][]byte{{0}, {1}, {2}}},       // x
 		{room.Plan(3, 1, 2, 3), []byte{3, 4}, []byte{1}, [][]byte{{12}, {11}, {2 ^ 6}}}, // x and (x + 3) (x + 4)
 	} {
-		if got, e := Deal(field, test.p, test.blob, test.tape); e != api.OK || !same(got, test.want) {
+		if got, e := Deal(field, test.p, test.blob, test.tape); e != api.OK || !room.Same(got, test.want) {
 			t.Errorf("Deal of %v with %+v and the tape %v: %v, %d, want %v", test.blob, test.p, test.tape, got, e, test.want)
 		}
 	}
@@ -135,8 +117,8 @@ func TestDealByTheWords(t *testing.T) {
 	for _, p := range room.EdgePlans() {
 		for _, size := range room.Sizes(p.L) {
 			blob := room.Some(size, size)
-			for _, tape := range tapes(cost(p, size)) {
-				if got, e := Deal(field, p, blob, tape); e != api.OK || !same(got, shares(p, blob, tape)) {
+			for _, tape := range room.Tapes(cost(p, size)) {
+				if got, e := Deal(field, p, blob, tape); e != api.OK || !room.Same(got, shares(p, blob, tape)) {
 					t.Fatalf("Deal of %d bytes with %+v: %v, %d", size, p, got, e)
 				}
 			}
@@ -165,7 +147,7 @@ func TestDealOfNothing(t *testing.T) {
 		for _, none := range [][]byte{nil, {}, room.Some(9, 1)[:0]} {
 			for _, tape := range [][]byte{nil, {}, room.Some(9, 1)} {
 				got, e := Deal(field, p, none, tape)
-				if e != api.OK || !same(got, make([][]byte, p.N)) {
+				if e != api.OK || !room.Same(got, make([][]byte, p.N)) {
 					t.Errorf("Deal of no bytes with %+v: %v, %d", p, got, e)
 				}
 			}
@@ -175,7 +157,7 @@ func TestDealOfNothing(t *testing.T) {
 
 func TestDealOfNoughts(t *testing.T) {
 	for _, p := range room.EdgePlans() {
-		if got, e := Deal(field, p, make([]byte, 7), make([]byte, cost(p, 7))); e != api.OK || !same(got, shares(p, make([]byte, 7), make([]byte, 7*p.T))) || bytes.ContainsFunc(slices.Concat(got...), func(r rune) bool { return r != 0 }) {
+		if got, e := Deal(field, p, make([]byte, 7), make([]byte, cost(p, 7))); e != api.OK || !room.Same(got, shares(p, make([]byte, 7), make([]byte, 7*p.T))) || bytes.ContainsFunc(slices.Concat(got...), func(r rune) bool { return r != 0 }) {
 			t.Errorf("Deal of noughts with %+v: %v, %d", p, got, e)
 		}
 	}
@@ -208,7 +190,7 @@ func TestWhatTheTapeHasMoreIsNotLookedAt(t *testing.T) {
 			want, _ := Deal(field, p, blob, tape)
 			for _, more := range [][]byte{{0}, {255}, room.Some(400, 5)} {
 				longer := slices.Concat(tape, more)
-				if got, e := Deal(field, p, blob, longer); e != api.OK || !same(got, want) {
+				if got, e := Deal(field, p, blob, longer); e != api.OK || !room.Same(got, want) {
 					t.Fatalf("Deal of %d bytes with %+v and %d bytes too many: %v, %d", size, p, len(more), got, e)
 				}
 				if got, e := Share(field, p, blob, longer, 2); e != api.OK || !bytes.Equal(got, want[1]) {
@@ -438,7 +420,7 @@ func TestSpareRoomIsNotRead(t *testing.T) {
 	blob, _ := room.Of(1, 2, 3)
 	tape, _ := room.Of(4, 5)
 	want := shares(p, []byte{1, 2, 3}, []byte{4, 5})
-	if got, e := Deal(field, p, blob, tape); e != api.OK || !same(got, want) {
+	if got, e := Deal(field, p, blob, tape); e != api.OK || !room.Same(got, want) {
 		t.Errorf("Deal of lists with spare room: %v, %d, want %v", got, e, want)
 	}
 	if got, e := Deal(field, p, blob, tape[:1]); e != api.ErrEmpty || len(got) != 0 {
@@ -461,7 +443,7 @@ func TestAnswersShareNoMemory(t *testing.T) {
 			}
 			kept := slices.Clone(first)
 			clear(second[:cap(second)])
-			if !same(first, kept) {
+			if !room.Same(first, kept) {
 				t.Errorf("with %+v: the lists of two answers share memory", p)
 			}
 		}
@@ -474,7 +456,7 @@ func TestAnswersHangOnWhatIsHandedInAlone(t *testing.T) {
 		first, _ := Deal(field, p, blob, tape)
 		kept := shares(p, blob, tape)
 		room.Shared(first...) // writes over them
-		if again, e := Deal(field, p, blob, tape); e != api.OK || !same(again, kept) {
+		if again, e := Deal(field, p, blob, tape); e != api.OK || !room.Same(again, kept) {
 			t.Errorf("with %+v: an answer hangs on what became of an earlier one", p)
 		}
 	}

@@ -12,11 +12,6 @@ import (
 	"sherd/room"
 )
 
-// same tells whether two lists of rows are alike.
-func same(a, b [][]byte) bool {
-	return slices.EqualFunc(a, b, bytes.Equal)
-}
-
 // someMatrix is a matrix of some rows of a width, which hangs on seed.
 func someMatrix(rows, wide, seed int) [][]byte {
 	a := make([][]byte, rows)
@@ -87,11 +82,11 @@ func TestUnit(t *testing.T) {
 		{257, 256}, {1000, 256}, {math.MaxInt32, 256}, {math.MaxInt, 256},
 		{-1, 0}, {-256, 0}, {math.MinInt32, 0}, {math.MinInt, 0},
 	} {
-		if got := Unit(c.n); !same(got, ones(c.rows)) {
+		if got := Unit(c.n); !room.Same(got, ones(c.rows)) {
 			t.Errorf("Unit of %d: %d rows, %v", c.n, len(got), got)
 		}
 	}
-	if got := Unit(3); !same(got, [][]byte{{1, 0, 0}, {0, 1, 0}, {0, 0, 1}}) {
+	if got := Unit(3); !room.Same(got, [][]byte{{1, 0, 0}, {0, 1, 0}, {0, 0, 1}}) {
 		t.Errorf("Unit of 3: %v", got)
 	}
 }
@@ -177,7 +172,7 @@ func TestMulByHand(t *testing.T) {
 		{"no row at all", nil, nil, nil},
 		{"rows of no byte behind", [][]byte{{1, 2, 3}, {4, 5, 6}}, [][]byte{{}, nil, {}}, [][]byte{{}, {}}},
 	} {
-		if got, ok := Mul(f, c.a, c.b); !ok || !same(got, c.want) {
+		if got, ok := Mul(f, c.a, c.b); !ok || !room.Same(got, c.want) {
 			t.Errorf("Mul, %s: %v, %v, want %v", c.name, got, ok, c.want)
 		}
 	}
@@ -192,7 +187,7 @@ func TestMulOfAllSizes(t *testing.T) {
 				if inner == 0 { // of no row nobody knows how wide it is
 					wide = 0
 				}
-				if got, ok := Mul(f, a, b); !ok || !same(got, slowMul(f, a, b, wide)) {
+				if got, ok := Mul(f, a, b); !ok || !room.Same(got, slowMul(f, a, b, wide)) {
 					t.Errorf("Mul of %d rows of %d and rows of %d: %v", rows, inner, wide, ok)
 				}
 			}
@@ -215,10 +210,10 @@ func TestMulWithUnit(t *testing.T) {
 	f := gf.New()
 	for _, c := range []struct{ rows, wide int }{{1, 1}, {1, 5}, {5, 1}, {4, 6}, {256, 3}, {3, 256}} {
 		a := someMatrix(c.rows, c.wide, 8)
-		if got, ok := Mul(f, Unit(c.rows), a); !ok || !same(got, a) {
+		if got, ok := Mul(f, Unit(c.rows), a); !ok || !room.Same(got, a) {
 			t.Errorf("Unit times %d rows of %d: %v, %v", c.rows, c.wide, got, ok)
 		}
-		if got, ok := Mul(f, a, Unit(c.wide)); !ok || !same(got, a) {
+		if got, ok := Mul(f, a, Unit(c.wide)); !ok || !room.Same(got, a) {
 			t.Errorf("%d rows of %d times Unit: %v, %v", c.rows, c.wide, got, ok)
 		}
 	}
@@ -274,7 +269,7 @@ func TestInverseByHand(t *testing.T) {
 		{"no row", nil, nil},
 		{"an empty list of rows", [][]byte{}, nil},
 	} {
-		if got, ok := Inverse(f, c.a); !ok || !same(got, c.want) {
+		if got, ok := Inverse(f, c.a); !ok || !room.Same(got, c.want) {
 			t.Errorf("Inverse, %s: %v, %v, want %v", c.name, got, ok, c.want)
 		}
 	}
@@ -283,7 +278,7 @@ func TestInverseByHand(t *testing.T) {
 // isInverse tells whether both products are the unit.
 func isInverse(f *gf.Field, a, b [][]byte) bool {
 	unit := ones(len(a))
-	return len(b) == len(a) && same(slowMul(f, a, b, len(a)), unit) && same(slowMul(f, b, a, len(a)), unit)
+	return len(b) == len(a) && room.Same(slowMul(f, a, b, len(a)), unit) && room.Same(slowMul(f, b, a, len(a)), unit)
 }
 
 // below3 is the matrix of some rows whose numbers of base 3 tell n.
@@ -338,7 +333,7 @@ func TestInverseOfOneByte(t *testing.T) {
 		if b == 0 && (ok || len(got) != 0) {
 			t.Errorf("Inverse of 0: %v, %v", got, ok)
 		}
-		if b != 0 && (!ok || !same(got, [][]byte{{f.Inv(byte(b))}})) {
+		if b != 0 && (!ok || !room.Same(got, [][]byte{{f.Inv(byte(b))}})) {
 			t.Errorf("Inverse of %d: %v, %v", b, got, ok)
 		}
 	}
@@ -365,7 +360,7 @@ func TestInverseOfGreaterOnes(t *testing.T) {
 		if !ok || !isInverse(f, a, got) {
 			t.Fatalf("Inverse of %d rows: %v", rows, ok)
 		}
-		if back, ok := Inverse(f, got); !ok || !same(back, a) {
+		if back, ok := Inverse(f, got); !ok || !room.Same(back, a) {
 			t.Errorf("Inverse of the Inverse of %d rows: %v", rows, ok)
 		}
 	}
@@ -374,7 +369,7 @@ func TestInverseOfGreaterOnes(t *testing.T) {
 func TestInverseOfUnitIsItself(t *testing.T) {
 	f := gf.New()
 	for _, n := range []int{0, 1, 2, 9, 255, 256, 257} {
-		if got, ok := Inverse(f, ones(n)); !ok || !same(got, ones(n)) {
+		if got, ok := Inverse(f, ones(n)); !ok || !room.Same(got, ones(n)) {
 			t.Errorf("Inverse of Unit of %d: %v", n, ok)
 		}
 	}
@@ -437,7 +432,7 @@ func TestPowersByHand(t *testing.T) {
 		{[]byte{5, 6}, math.MinInt, [][]byte{{}, {}}},
 		{nil, 3, nil}, {[]byte{}, 3, nil}, {nil, 0, nil}, {nil, -1, nil}, {nil, math.MaxInt, nil},
 	} {
-		if got := Powers(f, c.xs, c.n); !same(got, c.want) {
+		if got := Powers(f, c.xs, c.n); !room.Same(got, c.want) {
 			t.Errorf("Powers of %v, %d: %v, want %v", c.xs, c.n, got, c.want)
 		}
 	}
@@ -571,10 +566,10 @@ func TestListsOfRowsAreNotShared(t *testing.T) {
 	}
 	again, _ := Mul(f, a, a)
 	back, _ := Inverse(f, a)
-	if !same(a, ones(2)) || !same(again, ones(2)) || !same(back, ones(2)) || !same(Unit(2), ones(2)) {
+	if !room.Same(a, ones(2)) || !room.Same(again, ones(2)) || !room.Same(back, ones(2)) || !room.Same(Unit(2), ones(2)) {
 		t.Error("a list of rows that was handed out is another one's too")
 	}
-	if !same(Powers(f, []byte{1, 0}, 2), [][]byte{{1, 1}, {1, 0}}) {
+	if !room.Same(Powers(f, []byte{1, 0}, 2), [][]byte{{1, 1}, {1, 0}}) {
 		t.Error("Powers hands out what it keeps")
 	}
 }
@@ -583,7 +578,7 @@ func TestOneRowHandedInTwice(t *testing.T) {
 	f := gf.New()
 	row := []byte{1, 2}
 	a := [][]byte{row, row}
-	if got, ok := Mul(f, a, a); !ok || !same(got, slowMul(f, a, a, 2)) {
+	if got, ok := Mul(f, a, a); !ok || !room.Same(got, slowMul(f, a, a, 2)) {
 		t.Errorf("Mul: %v, %v", got, ok)
 	}
 	if got, ok := Apply(f, a, row); !ok || !bytes.Equal(got, slowApply(f, a, row)) {

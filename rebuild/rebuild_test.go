@@ -74,15 +74,6 @@ func some(count, size, seed int) [][]byte {
 	return list
 }
 
-// mixed tells count custodians in an order of their own, which hangs on seed.
-func mixed(p api.Plan, count, seed int) []int {
-	who := rand.New(rand.NewSource(int64(seed))).Perm(p.N)[:count]
-	for k := range who {
-		who[k]++
-	}
-	return who
-}
-
 // counts tell of how many custodians a blob may be made: the fewest, some between, and all.
 func counts(p api.Plan) []int {
 	all := []int{need(p), need(p) + 1, (need(p) + p.N) / 2, p.N}
@@ -139,7 +130,7 @@ func TestBlobByTheWords(t *testing.T) {
 	for _, p := range room.EdgePlans() {
 		for seed, size := range room.Sizes(p.L) {
 			for _, n := range counts(p) {
-				who, shares := mixed(p, n, seed), some(n, stripes(p, size), seed)
+				who, shares := room.Mixed(p, n, seed), some(n, stripes(p, size), seed)
 				if got, e := Blob(field, p, size, who, shares); e != api.OK || !bytes.Equal(got, blob(p, size, who, shares)) {
 					t.Fatalf("Blob of %d bytes with %+v, of %v: %v, %d", size, p, who, got, e)
 				}
@@ -151,7 +142,7 @@ func TestBlobByTheWords(t *testing.T) {
 func TestBlobOfAllSizes(t *testing.T) {
 	for _, p := range []api.Plan{room.Plan(5, 1, 1, 3), room.Plan(5, 1, 3, 5), room.Plan(9, 2, 5, 8), room.Plan(40, 1, 17, 20)} {
 		for size := range 241 {
-			who, shares := mixed(p, need(p), size), some(need(p), stripes(p, size), size)
+			who, shares := room.Mixed(p, need(p), size), some(need(p), stripes(p, size), size)
 			if got, e := Blob(field, p, size, who, shares); e != api.OK || !bytes.Equal(got, blob(p, size, who, shares)) {
 				t.Fatalf("Blob of %d bytes with %+v, of %v: %v, %d", size, p, who, got, e)
 			}
@@ -162,7 +153,7 @@ func TestBlobOfAllSizes(t *testing.T) {
 func TestBlobWithManyPlans(t *testing.T) {
 	for seed, p := range fewPlans() {
 		size := min(240, p.L+1)
-		who, shares := mixed(p, need(p), seed), some(need(p), stripes(p, size), seed)
+		who, shares := room.Mixed(p, need(p), seed), some(need(p), stripes(p, size), seed)
 		got, e := Blob(field, p, size, who, shares)
 		if e != api.OK || len(got) != size {
 			t.Fatalf("Blob of %d bytes with %+v: %d bytes, %d", size, p, len(got), e)
@@ -181,7 +172,7 @@ func TestBlobLooksAtTheFirstNeedSharesAlone(t *testing.T) {
 			continue
 		}
 		size := p.L + 1
-		who, shares := mixed(p, p.N, 1), some(p.N, stripes(p, size), 1)
+		who, shares := room.Mixed(p, p.N, 1), some(p.N, stripes(p, size), 1)
 		want := blob(p, size, who, shares)
 		for seed := range 5 {
 			copy(shares[need(p):], some(p.N-need(p), stripes(p, size), 2+seed))
@@ -201,7 +192,7 @@ func TestBlobOfNothing(t *testing.T) {
 	for _, p := range room.EdgePlans() {
 		for _, n := range counts(p) {
 			for _, none := range [][]byte{nil, {}, room.Some(9, 1)[:0]} {
-				who, shares := mixed(p, n, 1), slices.Repeat([][]byte{none}, n)
+				who, shares := room.Mixed(p, n, 1), slices.Repeat([][]byte{none}, n)
 				if got, e := Blob(field, p, 0, who, shares); e != api.OK || len(got) != 0 || !Agree(field, p, 0, who, shares) {
 					t.Errorf("Blob of no bytes with %+v: %v, %d", p, got, e)
 				}
@@ -225,7 +216,7 @@ func TestBlobWithAPlanThatMayNotBe(t *testing.T) {
 func TestBlobOfSizesOutOfRange(t *testing.T) {
 	wrong := append(slices.DeleteFunc(room.Ends(), func(n int) bool { return n == 0 }), -240, 241, 242, 256, 257, 480)
 	for _, p := range room.EdgePlans() {
-		all := mixed(p, p.N, 1)
+		all := room.Mixed(p, p.N, 1)
 		for _, size := range wrong {
 			for _, n := range []int{0, 1, 240} {
 				refused(t, p, size, all, some(p.N, n, 1), api.ErrRange)
@@ -244,7 +235,7 @@ func TestBlobOfNoCustodian(t *testing.T) {
 		shares := some(p.N, stripes(p, size), 1)
 		for _, i := range append(room.Ends(), p.N+1, p.N+2, p.N+p.L, p.N+256, 256, 257, 258, 1-256) {
 			for _, at := range []int{0, 1, need(p) - 1, p.N - 1} {
-				who := mixed(p, p.N, 1)
+				who := room.Mixed(p, p.N, 1)
 				who[at] = i
 				refused(t, p, size, who, shares, api.ErrRange)
 				refused(t, p, 0, who, slices.Repeat([][]byte{nil}, p.N), api.ErrRange)
@@ -263,7 +254,7 @@ func TestBlobOfTheSameCustodianTwice(t *testing.T) {
 		size := p.L + 1
 		for a := range p.N {
 			for b := range a {
-				who := mixed(p, p.N, 1)
+				who := room.Mixed(p, p.N, 1)
 				who[a] = who[b]
 				refused(t, p, size, who, some(p.N, stripes(p, size), 1), api.ErrTwice)
 				refused(t, p, 0, who, slices.Repeat([][]byte{nil}, p.N), api.ErrTwice)
@@ -272,7 +263,7 @@ func TestBlobOfTheSameCustodianTwice(t *testing.T) {
 	}
 	for _, p := range room.EdgePlans() {
 		size := p.L + 1
-		all, n := mixed(p, p.N, 1), stripes(p, size)
+		all, n := room.Mixed(p, p.N, 1), stripes(p, size)
 		refused(t, p, size, append(slices.Clone(all), all[p.N-1]), some(p.N+1, n, 1), api.ErrTwice)
 		refused(t, p, size, append([]int{all[p.N-1]}, all...), some(p.N+1, n, 1), api.ErrTwice)
 		refused(t, p, size, slices.Concat(all, all), some(2*p.N, n, 1), api.ErrTwice)
@@ -287,7 +278,7 @@ func TestBlobOfTooFewCustodians(t *testing.T) {
 	for _, p := range room.EdgePlans() {
 		for _, size := range []int{0, 1, p.L, p.L + 1, 240} {
 			for _, n := range []int{0, 1, need(p) / 2, need(p) - 2, need(p) - 1} {
-				who := mixed(p, n, 1)
+				who := room.Mixed(p, n, 1)
 				refused(t, p, size, who, some(n, stripes(p, size), 1), api.ErrFew)
 				for _, count := range []int{0, n + 1, need(p), p.N} { // ahead of ErrForm
 					refused(t, p, size, who, some(count, stripes(p, size), 1), api.ErrFew)
@@ -304,9 +295,9 @@ func TestBlobOfNotAsManySharesAsCustodians(t *testing.T) {
 		for _, size := range []int{0, 1, p.L, p.L + 1, 240} {
 			for _, n := range counts(p) {
 				for _, count := range []int{0, 1, need(p) - 1, n - 1, n + 1, n + 2, 2 * n, n + 256} {
-					refused(t, p, size, mixed(p, n, 1), some(count, stripes(p, size), 1), api.ErrForm)
+					refused(t, p, size, room.Mixed(p, n, 1), some(count, stripes(p, size), 1), api.ErrForm)
 				}
-				refused(t, p, size, mixed(p, n, 1), nil, api.ErrForm)
+				refused(t, p, size, room.Mixed(p, n, 1), nil, api.ErrForm)
 			}
 		}
 	}
@@ -317,7 +308,7 @@ func TestBlobOfAShareThatHasNotAsManyBytesAsStripes(t *testing.T) {
 		for _, size := range room.Sizes(p.L) {
 			right := stripes(p, size)
 			for _, count := range counts(p) {
-				who, shares := mixed(p, count, 1), some(count, right, 1)
+				who, shares := room.Mixed(p, count, 1), some(count, right, 1)
 				for _, at := range []int{0, 1, need(p) - 1, count - 1} {
 					kept := shares[at]
 					for _, n := range []int{0, 1, right - 1, right + 1, 2*right + 1, size, right + 256} {
@@ -385,7 +376,7 @@ func TestAgreeByTheWords(t *testing.T) {
 				continue // so many values of so many stripes are too slow here
 			}
 			for _, n := range counts(p) {
-				who := mixed(p, n, seed)
+				who := room.Mixed(p, n, seed)
 				if !Agree(field, p, size, who, agreed(p, size, who, seed)) {
 					t.Fatalf("Agree of %d bytes with %+v, of %v: false", size, p, who)
 				}
@@ -397,7 +388,7 @@ func TestAgreeByTheWords(t *testing.T) {
 func TestAnyNeedSharesAgree(t *testing.T) {
 	for _, p := range room.EdgePlans() {
 		for seed, size := range room.Sizes(p.L) {
-			if !Agree(field, p, size, mixed(p, need(p), seed), some(need(p), stripes(p, size), seed)) {
+			if !Agree(field, p, size, room.Mixed(p, need(p), seed), some(need(p), stripes(p, size), seed)) {
 				t.Fatalf("Agree of %d bytes with %+v, of Need shares: false", size, p)
 			}
 		}
@@ -408,7 +399,7 @@ func TestAgreeSeesEachByteThatIsTurned(t *testing.T) {
 	for _, p := range append(room.SmallPlans(5), room.Plan(12, 3, 5, 9), room.Plan(6, 2, 2, 4)) {
 		size := 2*p.L + 1
 		for n := need(p) + 1; n <= p.N; n++ {
-			who := mixed(p, n, n)
+			who := room.Mixed(p, n, n)
 			shares := agreed(p, size, who, n)
 			for at, s := range shares {
 				for k := range s {
@@ -430,7 +421,7 @@ func TestAgreeSeesEachByteThatIsTurned(t *testing.T) {
 
 func TestAgreeSeesASingleByteOfManyShares(t *testing.T) {
 	for _, p := range []api.Plan{room.Plan(255, 1, 1, 2), room.Plan(129, 2, 125, 129), room.Plan(192, 100, 64, 192)} {
-		who := mixed(p, p.N, 1)
+		who := room.Mixed(p, p.N, 1)
 		shares := agreed(p, p.L+1, who, 1)
 		for at := range shares {
 			shares[at][1]++
@@ -497,7 +488,7 @@ func TestDealtSharesOfAllSizesTellTheBlob(t *testing.T) {
 			b := room.Some(size, 3*size)
 			all := dealt(t, p, b, size)
 			for _, n := range counts(p) {
-				checkDealt(t, p, b, all, mixed(p, n, size))
+				checkDealt(t, p, b, all, room.Mixed(p, n, size))
 			}
 		}
 	}
@@ -507,8 +498,8 @@ func TestDealtSharesOfManyCustodiansTellTheBlob(t *testing.T) {
 	for seed, p := range fewPlans() {
 		b := room.Some(p.L+1, seed)
 		all := dealt(t, p, b, seed)
-		checkDealt(t, p, b, all, mixed(p, need(p), seed))
-		checkDealt(t, p, b, all, mixed(p, (need(p)+p.N+1)/2, seed))
+		checkDealt(t, p, b, all, room.Mixed(p, need(p), seed))
+		checkDealt(t, p, b, all, room.Mixed(p, (need(p)+p.N+1)/2, seed))
 	}
 }
 
@@ -538,7 +529,7 @@ func TestWhatIsHandedInIsNotChanged(t *testing.T) {
 			if p.N > 100 && size > p.L+1 {
 				continue
 			}
-			who, sameWho := room.Numbers(mixed(p, p.N, 1)...)
+			who, sameWho := room.Numbers(room.Mixed(p, p.N, 1)...)
 			shares, sameShares := room.Rows(some(p.N, stripes(p, size), 1)...)
 			for _, n := range []int{size, 0, 241, -1} {
 				for _, count := range []int{p.N, need(p), need(p) - 1} {
@@ -580,7 +571,7 @@ func TestSpareRoomIsNotRead(t *testing.T) {
 func TestAnswersShareNoMemory(t *testing.T) {
 	for _, p := range room.EdgePlans() {
 		for _, size := range []int{0, 1, p.L, p.L + 1} {
-			who, shares := mixed(p, need(p), 1), some(need(p), stripes(p, size), 1)
+			who, shares := room.Mixed(p, need(p), 1), some(need(p), stripes(p, size), 1)
 			want := blob(p, size, who, shares)
 			first, _ := Blob(field, p, size, who, shares)
 			second, _ := Blob(field, p, size, who, shares)
@@ -602,7 +593,7 @@ func TestNothingPanics(t *testing.T) {
 	many := slices.Repeat([]int{1, 2, 3, 255, 256, 257}, 50)
 	for _, p := range slices.Concat(room.EdgePlans(), room.WrongPlans()) {
 		for _, f := range []*gf.Field{nil, {}, field} {
-			for _, who := range [][]int{nil, {}, {1, 2}, {1, 2, 3, 4}, room.Ends(), many, mixed(room.Plan(255, 1, 1, 2), 255, 1)} {
+			for _, who := range [][]int{nil, {}, {1, 2}, {1, 2, 3, 4}, room.Ends(), many, room.Mixed(room.Plan(255, 1, 1, 2), 255, 1)} {
 				for _, size := range []int{-1, 0, 1, 2, 240, 241} {
 					for _, shares := range [][][]byte{nil, {}, {nil}, make([][]byte, len(who)), some(len(who), 1, 1), some(len(who), max(0, size), 1), some(300, 2, 1)} {
 						Blob(f, p, size, who, shares)

@@ -108,6 +108,17 @@ func Sizes(l int) []int {
 	return all
 }
 
+// Mixed tells count custodians in an order that hangs on seed alone.
+func Mixed(p api.Plan, count, seed int) []int {
+	who := make([]int, p.N)
+	for k, b := range Some(p.N, seed) {
+		other := int(b) % (k + 1)
+		who[k] = who[other]
+		who[other] = k + 1
+	}
+	return who[:count:count]
+}
+
 // EachChoice calls check with all choices of count of the numbers from 1 to n, rising.
 func EachChoice(n, count int, check func(who []int)) {
 	for set := range 1 << n {

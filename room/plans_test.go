@@ -108,6 +108,33 @@ func TestSizes(t *testing.T) {
 	}
 }
 
+func TestMixed(t *testing.T) {
+	for _, p := range EdgePlans() {
+		for seed := range 4 {
+			who := Mixed(p, p.N, seed)
+			if sorted := slices.Sorted(slices.Values(who)); !slices.Equal(sorted, plan.All(p)) {
+				t.Fatalf("Mixed of all of %+v: %v", p, who)
+			}
+			for n := range p.N + 1 {
+				if got := Mixed(p, n, seed); !slices.Equal(got, who[:n]) || cap(got) != n {
+					t.Fatalf("Mixed of %d of %+v: %v, want %v", n, p, got, who[:n])
+				}
+			}
+		}
+	}
+}
+
+func TestMixedHangsOnSeed(t *testing.T) {
+	p := Plan(12, 3, 5, 9)
+	met := map[int]bool{}
+	for seed := range 200 {
+		met[Mixed(p, 1, seed)[0]] = true
+	}
+	if len(met) != p.N {
+		t.Errorf("Mixed: only %d of 12 custodians are ever the first one", len(met))
+	}
+}
+
 func TestEachChoice(t *testing.T) {
 	for _, test := range []struct {
 		n, count int

@@ -58,3 +58,21 @@ func (all *Products) Weights(points []byte, x byte) []byte {
 	}
 	return list
 }
+
+// Root tells the value at x of the product of (x + c) for each c of some points.
+func (all *Products) Root(points []byte, x byte) byte {
+	root := byte(1)
+	for _, c := range points {
+		root = all[root][x^c]
+	}
+	return root
+}
+
+// Value tells that of a polynomial at x, by x's powers.
+func (all *Products) Value(p []byte, x byte) byte {
+	value, power := byte(0), byte(1)
+	for _, c := range p {
+		value, power = value^all[c][power], all[power][x]
+	}
+	return value
+}

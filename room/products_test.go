@@ -6,6 +6,7 @@ import (
 
 	"sherd/gf"
 	"sherd/lagr"
+	"sherd/poly"
 )
 
 func TestProducts(t *testing.T) {
@@ -42,6 +43,23 @@ func TestWeights(t *testing.T) {
 			want, _ := lagr.Weights(f, points, byte(x))
 			if got := all.Weights(points, byte(x)); !bytes.Equal(got, want) {
 				t.Fatalf("Weights of %v at %d: %v, want %v", points, x, got, want)
+			}
+		}
+	}
+}
+
+func TestRootAndValue(t *testing.T) {
+	f, all := gf.New(), NewProducts()
+	for n := range 20 {
+		list := Some(n, n)
+		root := poly.Root(f, list...)
+		for x := range 256 {
+			x := byte(x)
+			if got := all.Root(list, x); got != poly.Eval(f, root, x) {
+				t.Fatalf("Root of %v at %d: %d, want %d", list, x, got, poly.Eval(f, root, x))
+			}
+			if got := all.Value(list, x); got != poly.Eval(f, list, x) {
+				t.Fatalf("Value of %v at %d: %d, want %d", list, x, got, poly.Eval(f, list, x))
 			}
 		}
 	}

@@ -1,4 +1,4 @@
-// Package room is for the tests of all layers: lists to hand in, whether they were changed, their spare room too, whether lists share memory; plans that may be and that may not be, and sizes of blobs; arithmetic of bytes by its words.
+// Package room is for the tests of all layers: lists to hand in, whether they were changed, their spare room too, whether lists are alike, or share memory; plans that may be and that may not be, custodians in some order, and sizes of blobs; arithmetic of bytes by its words.
 package room
 
 import (
@@ -15,6 +15,16 @@ func Some(n, seed int) []byte {
 		list[k] = byte(state >> 24) // the lower bits come again too soon
 	}
 	return list
+}
+
+// Tapes tells some of n bytes: mixed ones, noughts, and the greatest ones.
+func Tapes(n int) [][]byte {
+	return [][]byte{Some(n, n+1), make([]byte, n), bytes.Repeat([]byte{255}, n)}
+}
+
+// Same tells whether two lists of lists are alike.
+func Same(a, b [][]byte) bool {
+	return slices.EqualFunc(a, b, bytes.Equal)
 }
 
 // Of tells a list of some bytes with marked spare room behind it, and what tells whether all of that is as it was.

@@ -30,6 +30,36 @@ func TestSomeTellsAllBytes(t *testing.T) {
 	}
 }
 
+func TestTapes(t *testing.T) {
+	for _, n := range []int{0, 1, 2, 300} {
+		all := Tapes(n)
+		for _, want := range [][]byte{make([]byte, n), bytes.Repeat([]byte{255}, n)} {
+			if !slices.ContainsFunc(all, func(tape []byte) bool { return bytes.Equal(tape, want) }) {
+				t.Errorf("Tapes of %d bytes: %v, without %v", n, all, want)
+			}
+		}
+		for _, tape := range all {
+			if len(tape) != n {
+				t.Errorf("Tapes of %d bytes: one of %d", n, len(tape))
+			}
+		}
+	}
+}
+
+func TestSame(t *testing.T) {
+	lists := [][][]byte{nil, {nil}, {{0}}, {{1}}, {{0}, nil}, {nil, {0}}, {{0, 0}}, {{0}, {0}}, {{0}, {1}}}
+	for a := range lists {
+		for b := range lists {
+			if got := Same(lists[a], lists[b]); got != (a == b) {
+				t.Errorf("Same of %v and %v: %t", lists[a], lists[b], got)
+			}
+		}
+	}
+	if !Same(nil, [][]byte{}) || !Same([][]byte{nil}, [][]byte{{}}) {
+		t.Error("Same of lists that are nil, and empty ones: false")
+	}
+}
+
 func TestOfSeesChanges(t *testing.T) {
 	for _, p := range [][]byte{nil, {7}, {1, 2, 3}} {
 		list, unchanged := Of(p...)

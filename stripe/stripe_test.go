@@ -30,11 +30,6 @@ func cut(l int, b []byte) [][]byte {
 	return all
 }
 
-// same tells whether two lists of stripes are alike.
-func same(a, b [][]byte) bool {
-	return slices.EqualFunc(a, b, bytes.Equal)
-}
-
 // zeros tells a list of some stripes of l bytes 0.
 func zeros(count, l int) [][]byte {
 	list := make([][]byte, count)
@@ -75,7 +70,7 @@ func TestCutOfAllSizes(t *testing.T) {
 	for l := 1; l <= most; l++ {
 		for size := range 241 {
 			b := room.Some(size, 300*l+size)
-			if got, e := Cut(ofL(l), b); e != api.OK || !same(got, cut(l, b)) {
+			if got, e := Cut(ofL(l), b); e != api.OK || !room.Same(got, cut(l, b)) {
 				t.Fatalf("Cut of %v with L %d: %v, %d", b, l, got, e)
 			}
 		}
@@ -96,7 +91,7 @@ func TestCutHangsOnLAlone(t *testing.T) {
 	for _, p := range room.RightPlans() {
 		for _, size := range room.Sizes(p.L) {
 			b := room.Some(size, size)
-			if got, e := Cut(p, b); e != api.OK || !same(got, cut(p.L, b)) {
+			if got, e := Cut(p, b); e != api.OK || !room.Same(got, cut(p.L, b)) {
 				t.Fatalf("Cut of %d bytes with %+v: %v, %d", size, p, got, e)
 			}
 		}
@@ -311,11 +306,11 @@ func TestWhatIsHandedInIsNotChanged(t *testing.T) {
 
 func TestSpareRoomIsNotRead(t *testing.T) {
 	b, _ := room.Of([]byte("abc")...)
-	if got, e := Cut(ofL(2), b); e != api.OK || !same(got, [][]byte{[]byte("ab"), {'c', 0}}) {
+	if got, e := Cut(ofL(2), b); e != api.OK || !room.Same(got, [][]byte{[]byte("ab"), {'c', 0}}) {
 		t.Errorf("Cut of 3 bytes with spare room: %v, %d", got, e)
 	}
 	whole := []byte("abcdef")
-	if got, e := Cut(ofL(4), whole[1:2]); e != api.OK || !same(got, [][]byte{{'b', 0, 0, 0}}) {
+	if got, e := Cut(ofL(4), whole[1:2]); e != api.OK || !room.Same(got, [][]byte{{'b', 0, 0, 0}}) {
 		t.Errorf("Cut of a byte with spare room: %v, %d", got, e)
 	}
 	list := [][]byte{whole[0:2], whole[2:3], whole[4:6]}
@@ -341,7 +336,7 @@ func TestAnswersShareNoMemory(t *testing.T) {
 			if whole := second[:cap(second)]; len(whole) > 0 {
 				kept := slices.Clone(first)
 				clear(whole)
-				if !same(first, kept) {
+				if !room.Same(first, kept) {
 					t.Errorf("with L %d and size %d: the lists of two answers share memory", l, size)
 				}
 			}

@@ -341,11 +341,8 @@ func TestAnyTAndLSharesTellTheBlob(t *testing.T) {
 		if e != api.OK {
 			t.Fatal(e)
 		}
-		room.EachChoice(p.N, p.T+p.L, func(who []int) {
-			var points []byte
-			for _, i := range who {
-				points = append(points, byte(i-1))
-			}
+		room.EachChoice(p.N, room.Need(p), func(who []int) {
+			points := room.Points(who)
 			var told []byte
 			for k := range 3 {
 				var ys []byte

@@ -17,11 +17,6 @@ var (
 	products = room.NewProducts()
 )
 
-// need tells how many shares make a blob, by the document's words.
-func need(p api.Plan) int {
-	return p.T + p.L
-}
-
 // stripes tells how many a blob has, by counting.
 func stripes(p api.Plan, size int) int {
 	n := 0
@@ -31,27 +26,9 @@ func stripes(p api.Plan, size int) int {
 	return n
 }
 
-// points tell those of custodians.
-func points(who []int) []byte {
-	var all []byte
-	for _, i := range who {
-		all = append(all, byte(i-1))
-	}
-	return all
-}
-
 // values tell what the stripes' polynomials are at x, by the document's words, point by point.
 func values(p api.Plan, who []int, shares [][]byte, x byte) []byte {
-	weights := products.Weights(points(who[:need(p)]), x)
-	var all []byte
-	for k := range shares[0] {
-		var ys []byte
-		for _, s := range shares[:need(p)] {
-			ys = append(ys, s[k])
-		}
-		all = append(all, products.Dot(weights, ys))
-	}
-	return all
+	return products.Through(room.Points(who[:room.Need(p)]), shares, x)
 }
 
 // blob tells one of shares, by the document's words.
@@ -63,23 +40,6 @@ func blob(p api.Plan, size int, who []int, shares [][]byte) []byte {
 		}
 	}
 	return whole[:size]
-}
-
-// some tells count shares of size bytes each, which hang on seed, and which are of no blob together.
-func some(count, size, seed int) [][]byte {
-	list := make([][]byte, count)
-	for k := range list {
-		list[k] = room.Some(size, 1000*seed+k)
-	}
-	return list
-}
-
-// counts tell of how many custodians a blob may be made: the fewest, some between, and all.
-func counts(p api.Plan) []int {
-	all := []int{need(p), need(p) + 1, (need(p) + p.N) / 2, p.N}
-	slices.Sort(all)
-	all = slices.Compact(all)
-	return slices.DeleteFunc(all, func(n int) bool { return n > p.N })
 }
 
 // fewPlans tells some of room's plans that may be: of those with many custodians the ones whose stripes have the fewest bytes, the most, and half as many, as all of them are too slow here.
@@ -129,8 +89,8 @@ func TestBlobOfKnownShares(t *testing.T) {
 func TestBlobByTheWords(t *testing.T) {
 	for _, p := range room.EdgePlans() {
 		for seed, size := range room.Sizes(p.L) {
-			for _, n := range counts(p) {
-				who, shares := room.Mixed(p, n, seed), some(n, stripes(p, size), seed)
+			for _, n := range room.Counts(p) {
+				who, shares := room.Mixed(p, n, seed), room.Lists(n, stripes(p, size), seed)
 				if got, e := Blob(field, p, size, who, shares); e != api.OK || !bytes.Equal(got, blob(p, size, who, shares)) {
 					t.Fatalf("Blob of %d bytes with %+v, of %v: %v, %d", size, p, who, got, e)
 				}
@@ -142,7 +102,7 @@ func TestBlobByTheWords(t *testing.T) {
 func TestBlobOfAllSizes(t *testing.T) {
 	for _, p := range []api.Plan{room.Plan(5, 1, 1, 3), room.Plan(5, 1, 3, 5), room.Plan(9, 2, 5, 8), room.Plan(40, 1, 17, 20)} {
 		for size := range 241 {
-			who, shares := room.Mixed(p, need(p), size), some(need(p), stripes(p, size), size)
+			who, shares := room.Mixed(p, room.Need(p), size), room.Lists(room.Need(p), stripes(p, size), size)
 			if got, e := Blob(field, p, size, who, shares); e != api.OK || !bytes.Equal(got, blob(p, size, who, shares)) {
 				t.Fatalf("Blob of %d bytes with %+v, of %v: %v, %d", size, p, who, got, e)
 			}
@@ -153,7 +113,7 @@ func TestBlobOfAllSizes(t *testing.T) {
 func TestBlobWithManyPlans(t *testing.T) {
 	for seed, p := range fewPlans() {
 		size := min(240, p.L+1)
-		who, shares := room.Mixed(p, need(p), seed), some(need(p), stripes(p, size), seed)
+		who, shares := room.Mixed(p, room.Need(p), seed), room.Lists(room.Need(p), stripes(p, size), seed)
 		got, e := Blob(field, p, size, who, shares)
 		if e != api.OK || len(got) != size {
 			t.Fatalf("Blob of %d bytes with %+v: %d bytes, %d", size, p, len(got), e)
@@ -168,29 +128,29 @@ func TestBlobWithManyPlans(t *testing.T) {
 
 func TestBlobLooksAtTheFirstNeedSharesAlone(t *testing.T) {
 	for _, p := range room.EdgePlans() {
-		if need(p) == p.N {
+		if room.Need(p) == p.N {
 			continue
 		}
 		size := p.L + 1
-		who, shares := room.Mixed(p, p.N, 1), some(p.N, stripes(p, size), 1)
+		who, shares := room.Mixed(p, p.N, 1), room.Lists(p.N, stripes(p, size), 1)
 		want := blob(p, size, who, shares)
 		for seed := range 5 {
-			copy(shares[need(p):], some(p.N-need(p), stripes(p, size), 2+seed))
+			copy(shares[room.Need(p):], room.Lists(p.N-room.Need(p), stripes(p, size), 2+seed))
 			if got, e := Blob(field, p, size, who, shares); e != api.OK || !bytes.Equal(got, want) {
 				t.Fatalf("Blob with %+v, with other shares behind: %v, %d, want %v", p, got, e, want)
 			}
 		}
-		shares[need(p)-1] = bytes.Clone(shares[need(p)-1])
-		shares[need(p)-1][0]++
+		shares[room.Need(p)-1] = bytes.Clone(shares[room.Need(p)-1])
+		shares[room.Need(p)-1][0]++
 		if got, e := Blob(field, p, size, who, shares); e != api.OK || bytes.Equal(got, want) {
-			t.Fatalf("Blob with %+v, with another share at place %d: the same", p, need(p)-1)
+			t.Fatalf("Blob with %+v, with another share at place %d: the same", p, room.Need(p)-1)
 		}
 	}
 }
 
 func TestBlobOfNothing(t *testing.T) {
 	for _, p := range room.EdgePlans() {
-		for _, n := range counts(p) {
+		for _, n := range room.Counts(p) {
 			for _, none := range [][]byte{nil, {}, room.Some(9, 1)[:0]} {
 				who, shares := room.Mixed(p, n, 1), slices.Repeat([][]byte{none}, n)
 				if got, e := Blob(field, p, 0, who, shares); e != api.OK || len(got) != 0 || !Agree(field, p, 0, who, shares) {
@@ -205,7 +165,7 @@ func TestBlobWithAPlanThatMayNotBe(t *testing.T) {
 	for _, p := range room.WrongPlans() { // ErrArg is told ahead of all others
 		for _, size := range append(room.Ends(), 1, 3, 240, 241) {
 			for _, who := range [][]int{nil, {}, {1}, {1, 2}, {1, 2, 3}, {1, 2, 3, 4}, {1, 1, 2}, {0, 1, 2}, {1, 2, 257}} {
-				for _, shares := range [][][]byte{nil, {nil, nil}, some(len(who), max(0, min(size, 240)), 1), some(len(who), 2, 1), some(len(who), 0, 1)} {
+				for _, shares := range [][][]byte{nil, {nil, nil}, room.Lists(len(who), max(0, min(size, 240)), 1), room.Lists(len(who), 2, 1), room.Lists(len(who), 0, 1)} {
 					refused(t, p, size, who, shares, api.ErrArg)
 				}
 			}
@@ -219,9 +179,9 @@ func TestBlobOfSizesOutOfRange(t *testing.T) {
 		all := room.Mixed(p, p.N, 1)
 		for _, size := range wrong {
 			for _, n := range []int{0, 1, 240} {
-				refused(t, p, size, all, some(p.N, n, 1), api.ErrRange)
-				refused(t, p, size, append(slices.Clone(all), all[0]), some(p.N+1, n, 1), api.ErrRange) // ahead of ErrTwice
-				refused(t, p, size, all[:1], some(1, n, 1), api.ErrRange)                               // ahead of ErrFew
+				refused(t, p, size, all, room.Lists(p.N, n, 1), api.ErrRange)
+				refused(t, p, size, append(slices.Clone(all), all[0]), room.Lists(p.N+1, n, 1), api.ErrRange) // ahead of ErrTwice
+				refused(t, p, size, all[:1], room.Lists(1, n, 1), api.ErrRange)                               // ahead of ErrFew
 				refused(t, p, size, nil, nil, api.ErrRange)
 				refused(t, p, size, all, nil, api.ErrRange) // ahead of ErrForm
 			}
@@ -232,9 +192,9 @@ func TestBlobOfSizesOutOfRange(t *testing.T) {
 func TestBlobOfNoCustodian(t *testing.T) {
 	for _, p := range room.EdgePlans() {
 		size := p.L + 1
-		shares := some(p.N, stripes(p, size), 1)
+		shares := room.Lists(p.N, stripes(p, size), 1)
 		for _, i := range append(room.Ends(), p.N+1, p.N+2, p.N+p.L, p.N+256, 256, 257, 258, 1-256) {
-			for _, at := range []int{0, 1, need(p) - 1, p.N - 1} {
+			for _, at := range []int{0, 1, room.Need(p) - 1, p.N - 1} {
 				who := room.Mixed(p, p.N, 1)
 				who[at] = i
 				refused(t, p, size, who, shares, api.ErrRange)
@@ -243,7 +203,7 @@ func TestBlobOfNoCustodian(t *testing.T) {
 				refused(t, p, size, slices.Repeat([]int{i}, 300), shares, api.ErrRange)
 				refused(t, p, size, who[at:at+1], shares[:1], api.ErrRange) // ahead of ErrFew
 				refused(t, p, size, who, shares[1:], api.ErrRange)          // ahead of ErrForm
-				refused(t, p, size, who, some(p.N, 0, 1), api.ErrRange)
+				refused(t, p, size, who, room.Lists(p.N, 0, 1), api.ErrRange)
 			}
 		}
 	}
@@ -256,7 +216,7 @@ func TestBlobOfTheSameCustodianTwice(t *testing.T) {
 			for b := range a {
 				who := room.Mixed(p, p.N, 1)
 				who[a] = who[b]
-				refused(t, p, size, who, some(p.N, stripes(p, size), 1), api.ErrTwice)
+				refused(t, p, size, who, room.Lists(p.N, stripes(p, size), 1), api.ErrTwice)
 				refused(t, p, 0, who, slices.Repeat([][]byte{nil}, p.N), api.ErrTwice)
 			}
 		}
@@ -264,26 +224,26 @@ func TestBlobOfTheSameCustodianTwice(t *testing.T) {
 	for _, p := range room.EdgePlans() {
 		size := p.L + 1
 		all, n := room.Mixed(p, p.N, 1), stripes(p, size)
-		refused(t, p, size, append(slices.Clone(all), all[p.N-1]), some(p.N+1, n, 1), api.ErrTwice)
-		refused(t, p, size, append([]int{all[p.N-1]}, all...), some(p.N+1, n, 1), api.ErrTwice)
-		refused(t, p, size, slices.Concat(all, all), some(2*p.N, n, 1), api.ErrTwice)
-		refused(t, p, size, slices.Repeat([]int{p.N}, need(p)), some(need(p), n, 1), api.ErrTwice)
-		refused(t, p, size, slices.Repeat([]int{1}, 1000), some(1000, n, 1), api.ErrTwice)
+		refused(t, p, size, append(slices.Clone(all), all[p.N-1]), room.Lists(p.N+1, n, 1), api.ErrTwice)
+		refused(t, p, size, append([]int{all[p.N-1]}, all...), room.Lists(p.N+1, n, 1), api.ErrTwice)
+		refused(t, p, size, slices.Concat(all, all), room.Lists(2*p.N, n, 1), api.ErrTwice)
+		refused(t, p, size, slices.Repeat([]int{p.N}, room.Need(p)), room.Lists(room.Need(p), n, 1), api.ErrTwice)
+		refused(t, p, size, slices.Repeat([]int{1}, 1000), room.Lists(1000, n, 1), api.ErrTwice)
 		refused(t, p, size, slices.Repeat([]int{1}, 1000), nil, api.ErrTwice) // ahead of ErrForm
-		refused(t, p, size, []int{2, 2}, some(2, n+1, 1), api.ErrTwice)       // ahead of ErrFew, if that is told too
+		refused(t, p, size, []int{2, 2}, room.Lists(2, n+1, 1), api.ErrTwice) // ahead of ErrFew, if that is told too
 	}
 }
 
 func TestBlobOfTooFewCustodians(t *testing.T) {
 	for _, p := range room.EdgePlans() {
 		for _, size := range []int{0, 1, p.L, p.L + 1, 240} {
-			for _, n := range []int{0, 1, need(p) / 2, need(p) - 2, need(p) - 1} {
+			for _, n := range []int{0, 1, room.Need(p) / 2, room.Need(p) - 2, room.Need(p) - 1} {
 				who := room.Mixed(p, n, 1)
-				refused(t, p, size, who, some(n, stripes(p, size), 1), api.ErrFew)
-				for _, count := range []int{0, n + 1, need(p), p.N} { // ahead of ErrForm
-					refused(t, p, size, who, some(count, stripes(p, size), 1), api.ErrFew)
+				refused(t, p, size, who, room.Lists(n, stripes(p, size), 1), api.ErrFew)
+				for _, count := range []int{0, n + 1, room.Need(p), p.N} { // ahead of ErrForm
+					refused(t, p, size, who, room.Lists(count, stripes(p, size), 1), api.ErrFew)
 				}
-				refused(t, p, size, who, some(n, stripes(p, size)+1, 1), api.ErrFew)
+				refused(t, p, size, who, room.Lists(n, stripes(p, size)+1, 1), api.ErrFew)
 			}
 			refused(t, p, size, nil, nil, api.ErrFew)
 		}
@@ -293,9 +253,9 @@ func TestBlobOfTooFewCustodians(t *testing.T) {
 func TestBlobOfNotAsManySharesAsCustodians(t *testing.T) {
 	for _, p := range room.EdgePlans() {
 		for _, size := range []int{0, 1, p.L, p.L + 1, 240} {
-			for _, n := range counts(p) {
-				for _, count := range []int{0, 1, need(p) - 1, n - 1, n + 1, n + 2, 2 * n, n + 256} {
-					refused(t, p, size, room.Mixed(p, n, 1), some(count, stripes(p, size), 1), api.ErrForm)
+			for _, n := range room.Counts(p) {
+				for _, count := range []int{0, 1, room.Need(p) - 1, n - 1, n + 1, n + 2, 2 * n, n + 256} {
+					refused(t, p, size, room.Mixed(p, n, 1), room.Lists(count, stripes(p, size), 1), api.ErrForm)
 				}
 				refused(t, p, size, room.Mixed(p, n, 1), nil, api.ErrForm)
 			}
@@ -307,9 +267,9 @@ func TestBlobOfAShareThatHasNotAsManyBytesAsStripes(t *testing.T) {
 	for _, p := range room.EdgePlans() {
 		for _, size := range room.Sizes(p.L) {
 			right := stripes(p, size)
-			for _, count := range counts(p) {
-				who, shares := room.Mixed(p, count, 1), some(count, right, 1)
-				for _, at := range []int{0, 1, need(p) - 1, count - 1} {
+			for _, count := range room.Counts(p) {
+				who, shares := room.Mixed(p, count, 1), room.Lists(count, right, 1)
+				for _, at := range []int{0, 1, room.Need(p) - 1, count - 1} {
 					kept := shares[at]
 					for _, n := range []int{0, 1, right - 1, right + 1, 2*right + 1, size, right + 256} {
 						if n < 0 || n == right {
@@ -320,9 +280,9 @@ func TestBlobOfAShareThatHasNotAsManyBytesAsStripes(t *testing.T) {
 					}
 					shares[at] = kept
 				}
-				refused(t, p, size, who, some(count, right+1, 1), api.ErrForm)
+				refused(t, p, size, who, room.Lists(count, right+1, 1), api.ErrForm)
 				if right > 0 {
-					refused(t, p, size, who, some(count, right-1, 1), api.ErrForm)
+					refused(t, p, size, who, room.Lists(count, right-1, 1), api.ErrForm)
 					refused(t, p, size, who, make([][]byte, count), api.ErrForm)
 				}
 			}
@@ -334,8 +294,8 @@ func TestBlobOfAShareThatHasNotAsManyBytesAsStripes(t *testing.T) {
 
 // agreed tells count shares that agree: the first Need are any, and the others follow, by the document's words.
 func agreed(p api.Plan, size int, who []int, seed int) [][]byte {
-	shares := some(len(who), stripes(p, size), seed)
-	for at := need(p); at < len(who); at++ {
+	shares := room.Lists(len(who), stripes(p, size), seed)
+	for at := room.Need(p); at < len(who); at++ {
 		shares[at] = values(p, who, shares, byte(who[at]-1))
 	}
 	return shares
@@ -375,7 +335,7 @@ func TestAgreeByTheWords(t *testing.T) {
 			if p.N > 100 && size > p.L+1 {
 				continue // so many values of so many stripes are too slow here
 			}
-			for _, n := range counts(p) {
+			for _, n := range room.Counts(p) {
 				who := room.Mixed(p, n, seed)
 				if !Agree(field, p, size, who, agreed(p, size, who, seed)) {
 					t.Fatalf("Agree of %d bytes with %+v, of %v: false", size, p, who)
@@ -388,7 +348,7 @@ func TestAgreeByTheWords(t *testing.T) {
 func TestAnyNeedSharesAgree(t *testing.T) {
 	for _, p := range room.EdgePlans() {
 		for seed, size := range room.Sizes(p.L) {
-			if !Agree(field, p, size, room.Mixed(p, need(p), seed), some(need(p), stripes(p, size), seed)) {
+			if !Agree(field, p, size, room.Mixed(p, room.Need(p), seed), room.Lists(room.Need(p), stripes(p, size), seed)) {
 				t.Fatalf("Agree of %d bytes with %+v, of Need shares: false", size, p)
 			}
 		}
@@ -398,7 +358,7 @@ func TestAnyNeedSharesAgree(t *testing.T) {
 func TestAgreeSeesEachByteThatIsTurned(t *testing.T) {
 	for _, p := range append(room.SmallPlans(5), room.Plan(12, 3, 5, 9), room.Plan(6, 2, 2, 4)) {
 		size := 2*p.L + 1
-		for n := need(p) + 1; n <= p.N; n++ {
+		for n := room.Need(p) + 1; n <= p.N; n++ {
 			who := room.Mixed(p, n, n)
 			shares := agreed(p, size, who, n)
 			for at, s := range shares {
@@ -475,7 +435,7 @@ func TestAnyDealtSharesTellTheBlob(t *testing.T) {
 		for _, size := range []int{0, 1, p.L, 2*p.L + 1} {
 			b := room.Some(size, p.N)
 			all := dealt(t, p, b, size)
-			for n := need(p); n <= p.N; n++ {
+			for n := room.Need(p); n <= p.N; n++ {
 				room.EachChoice(p.N, n, func(who []int) { checkDealt(t, p, b, all, who) })
 			}
 		}
@@ -487,7 +447,7 @@ func TestDealtSharesOfAllSizesTellTheBlob(t *testing.T) {
 		for size := range 241 {
 			b := room.Some(size, 3*size)
 			all := dealt(t, p, b, size)
-			for _, n := range counts(p) {
+			for _, n := range room.Counts(p) {
 				checkDealt(t, p, b, all, room.Mixed(p, n, size))
 			}
 		}
@@ -498,14 +458,14 @@ func TestDealtSharesOfManyCustodiansTellTheBlob(t *testing.T) {
 	for seed, p := range fewPlans() {
 		b := room.Some(p.L+1, seed)
 		all := dealt(t, p, b, seed)
-		checkDealt(t, p, b, all, room.Mixed(p, need(p), seed))
-		checkDealt(t, p, b, all, room.Mixed(p, (need(p)+p.N+1)/2, seed))
+		checkDealt(t, p, b, all, room.Mixed(p, room.Need(p), seed))
+		checkDealt(t, p, b, all, room.Mixed(p, (room.Need(p)+p.N+1)/2, seed))
 	}
 }
 
 func TestDealtSharesOfTwoBlobsDoNotAgree(t *testing.T) {
 	for _, p := range room.SmallPlans(6) {
-		if need(p) == p.N {
+		if room.Need(p) == p.N {
 			continue
 		}
 		size := p.L + 1
@@ -530,9 +490,9 @@ func TestWhatIsHandedInIsNotChanged(t *testing.T) {
 				continue
 			}
 			who, sameWho := room.Numbers(room.Mixed(p, p.N, 1)...)
-			shares, sameShares := room.Rows(some(p.N, stripes(p, size), 1)...)
+			shares, sameShares := room.Rows(room.Lists(p.N, stripes(p, size), 1)...)
 			for _, n := range []int{size, 0, 241, -1} {
-				for _, count := range []int{p.N, need(p), need(p) - 1} {
+				for _, count := range []int{p.N, room.Need(p), room.Need(p) - 1} {
 					Blob(field, p, n, who[:count], shares[:count])
 					Agree(field, p, n, who[:count], shares[:count])
 				}
@@ -571,7 +531,7 @@ func TestSpareRoomIsNotRead(t *testing.T) {
 func TestAnswersShareNoMemory(t *testing.T) {
 	for _, p := range room.EdgePlans() {
 		for _, size := range []int{0, 1, p.L, p.L + 1} {
-			who, shares := room.Mixed(p, need(p), 1), some(need(p), stripes(p, size), 1)
+			who, shares := room.Mixed(p, room.Need(p), 1), room.Lists(room.Need(p), stripes(p, size), 1)
 			want := blob(p, size, who, shares)
 			first, _ := Blob(field, p, size, who, shares)
 			second, _ := Blob(field, p, size, who, shares)
@@ -595,7 +555,7 @@ func TestNothingPanics(t *testing.T) {
 		for _, f := range []*gf.Field{nil, {}, field} {
 			for _, who := range [][]int{nil, {}, {1, 2}, {1, 2, 3, 4}, room.Ends(), many, room.Mixed(room.Plan(255, 1, 1, 2), 255, 1)} {
 				for _, size := range []int{-1, 0, 1, 2, 240, 241} {
-					for _, shares := range [][][]byte{nil, {}, {nil}, make([][]byte, len(who)), some(len(who), 1, 1), some(len(who), max(0, size), 1), some(300, 2, 1)} {
+					for _, shares := range [][][]byte{nil, {}, {nil}, make([][]byte, len(who)), room.Lists(len(who), 1, 1), room.Lists(len(who), max(0, size), 1), room.Lists(300, 2, 1)} {
 						Blob(f, p, size, who, shares)
 						Agree(f, p, size, who, shares)
 					}
@@ -603,8 +563,8 @@ func TestNothingPanics(t *testing.T) {
 			}
 		}
 		for _, size := range room.Ends() {
-			Blob(field, p, size, []int{1, 2}, some(2, 1, 1))
-			Agree(field, p, size, []int{1, 2}, some(2, 1, 1))
+			Blob(field, p, size, []int{1, 2}, room.Lists(2, 1, 1))
+			Agree(field, p, size, []int{1, 2}, room.Lists(2, 1, 1))
 		}
 	}
 }

@@ -88,6 +88,28 @@ func Ends() []int {
 		wide/2 - 1, wide / 2, wide - 1, wide, math.MaxInt / 2, math.MaxInt/2 + 1, math.MaxInt - 256, math.MaxInt - 255, math.MaxInt - 1, math.MaxInt}
 }
 
+// Need tells how many shares make a blob, by the document's words.
+func Need(p api.Plan) int {
+	return p.T + p.L
+}
+
+// Counts tells of how many custodians a blob may be made: the fewest, one more, some between, and all.
+func Counts(p api.Plan) []int {
+	all := []int{Need(p), Need(p) + 1, (Need(p) + p.N) / 2, p.N}
+	slices.Sort(all)
+	all = slices.Compact(all)
+	return slices.DeleteFunc(all, func(n int) bool { return n > p.N })
+}
+
+// Points tells those of custodians, by their words.
+func Points(who []int) []byte {
+	var all []byte
+	for _, i := range who {
+		all = append(all, byte(i-1))
+	}
+	return all
+}
+
 // Secrets tells the points of a stripe's bytes, by their words.
 func Secrets(p api.Plan) []byte {
 	var all []byte
@@ -106,6 +128,37 @@ func Sizes(l int) []int {
 		}
 	}
 	return all
+}
+
+// SomeStripes tells numbers of stripes: the least ones, and the greatest ones; of plans with many custodians fewer, as more are too slow.
+func SomeStripes(p api.Plan) []int {
+	if p.N > 12 {
+		return []int{0, 1, 3}
+	}
+	return []int{0, 1, 2, 3, 17, api.MaxBlob - 1, api.MaxBlob}
+}
+
+// WrongStripes tells numbers of stripes that are out of range.
+func WrongStripes() []int {
+	ends := slices.DeleteFunc(Ends(), func(n int) bool { return n == 0 })
+	return append(ends, -240, -241, 241, 242, 256, 257, 480, 512, wide, wide+1, wide+240)
+}
+
+// EachStripes calls check with many plans, and numbers of stripes, and whether there may be so many with that plan.
+func EachStripes(check func(p api.Plan, stripes int, right bool)) {
+	for _, p := range RightPlans() {
+		for stripes := range api.MaxBlob + 1 {
+			check(p, stripes, true)
+		}
+		for _, stripes := range WrongStripes() {
+			check(p, stripes, false)
+		}
+	}
+	for _, p := range WrongPlans() {
+		for _, stripes := range append(WrongStripes(), 0, 1, 2, 3, api.MaxBlob-1, api.MaxBlob) {
+			check(p, stripes, false)
+		}
+	}
 }
 
 // Mixed tells count custodians in an order that hangs on seed alone.

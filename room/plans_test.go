@@ -85,6 +85,67 @@ func TestEdgePlansHaveTheEnds(t *testing.T) {
 	}
 }
 
+func TestNeedAndCounts(t *testing.T) {
+	for _, p := range append(RightPlans(), EdgePlans()...) {
+		if got := Need(p); got != plan.Need(p) {
+			t.Errorf("Need of %+v: %d", p, got)
+		}
+		all := Counts(p)
+		if all[0] != Need(p) || all[len(all)-1] != p.N || !slices.IsSorted(all) || len(slices.Compact(slices.Clone(all))) != len(all) {
+			t.Errorf("Counts of %+v: %v", p, all)
+		}
+	}
+}
+
+func TestPoints(t *testing.T) {
+	for _, p := range EdgePlans() {
+		for _, who := range [][]int{nil, {1}, Mixed(p, p.N, 1), plan.All(p)} {
+			if got := Points(who); !bytes.Equal(got, plan.Points(who...)) {
+				t.Errorf("Points of %v: %v", who, got)
+			}
+		}
+	}
+}
+
+func TestSomeStripesAreInRange(t *testing.T) {
+	for _, p := range EdgePlans() {
+		all := SomeStripes(p)
+		if !slices.IsSorted(all) || all[0] != 0 || all[1] != 1 || all[len(all)-1] > 240 {
+			t.Errorf("SomeStripes of %+v: %v", p, all)
+		}
+	}
+	if all := SomeStripes(Plan(2, 1, 1, 2)); !slices.Contains(all, 240) {
+		t.Errorf("SomeStripes: %v, without the most", all)
+	}
+}
+
+func TestWrongStripesAreOutOfRange(t *testing.T) {
+	all := WrongStripes()
+	for _, n := range all {
+		if 0 <= n && n <= 240 {
+			t.Errorf("WrongStripes: %d", n)
+		}
+	}
+	for _, n := range []int{math.MinInt, -1, 241, 256, math.MaxInt32 + 1, math.MaxInt} {
+		if !slices.Contains(all, n) {
+			t.Errorf("WrongStripes: no %d", n)
+		}
+	}
+}
+
+func TestEachStripes(t *testing.T) {
+	met := map[bool]int{}
+	EachStripes(func(p api.Plan, stripes int, right bool) {
+		met[right]++
+		if right != (plan.Right(p) && 0 <= stripes && stripes <= 240) {
+			t.Errorf("EachStripes: %d with %+v: %t", stripes, p, right)
+		}
+	})
+	if met[true] != 241*len(RightPlans()) || met[false] == 0 {
+		t.Errorf("EachStripes: %v", met)
+	}
+}
+
 func TestSecrets(t *testing.T) {
 	for _, p := range append(RightPlans(), EdgePlans()...) {
 		if got := Secrets(p); !bytes.Equal(got, plan.Secrets(p)) {

@@ -59,6 +59,20 @@ func (all *Products) Weights(points []byte, x byte) []byte {
 	return list
 }
 
+// Through tells the values at x of the polynomials through some points, all unlike: of each place the one with the lists' bytes at that place.
+func (all *Products) Through(points []byte, lists [][]byte, x byte) []byte {
+	weights := all.Weights(points, x)
+	var values []byte
+	for place := range lists[0] {
+		var ys []byte
+		for k := range points {
+			ys = append(ys, lists[k][place])
+		}
+		values = append(values, all.Dot(weights, ys))
+	}
+	return values
+}
+
 // Root tells the value at x of the product of (x + c) for each c of some points.
 func (all *Products) Root(points []byte, x byte) byte {
 	root := byte(1)

@@ -48,6 +48,29 @@ func TestWeights(t *testing.T) {
 	}
 }
 
+func TestThrough(t *testing.T) {
+	f, all := gf.New(), NewProducts()
+	for _, points := range [][]byte{{0}, {9}, {1, 0}, {7, 0, 255, 128, 27}} {
+		for size := range 4 {
+			lists := Lists(len(points), size, 1)
+			for x := range 256 {
+				var want []byte
+				for place := range size {
+					var ys []byte
+					for k := range points {
+						ys = append(ys, lists[k][place])
+					}
+					value, _ := lagr.At(f, points, ys, byte(x))
+					want = append(want, value)
+				}
+				if got := all.Through(points, lists, byte(x)); !bytes.Equal(got, want) {
+					t.Fatalf("Through %v and %v at %d: %v, want %v", points, lists, x, got, want)
+				}
+			}
+		}
+	}
+}
+
 func TestRootAndValue(t *testing.T) {
 	f, all := gf.New(), NewProducts()
 	for n := range 20 {

@@ -1,4 +1,4 @@
-// Package room is for the tests of all layers: lists to hand in, whether they were changed, their spare room too, whether lists are alike, or share memory; plans that may be and that may not be, custodians in some order, and sizes of blobs; arithmetic of bytes by its words.
+// Package room is for the tests of all layers: lists to hand in, whether they were changed, their spare room too, whether lists are alike, or share memory; plans that may be and that may not be, custodians in some order, sizes of blobs, and numbers of stripes; arithmetic of bytes by its words.
 package room
 
 import (
@@ -15,6 +15,15 @@ func Some(n, seed int) []byte {
 		list[k] = byte(state >> 24) // the lower bits come again too soon
 	}
 	return list
+}
+
+// Lists tells count lists of size bytes each, which hang on seed alone.
+func Lists(count, size, seed int) [][]byte {
+	all := make([][]byte, count)
+	for k := range all {
+		all[k] = Some(size, 1000*seed+k)
+	}
+	return all
 }
 
 // Tapes tells some of n bytes: mixed ones, noughts, and the greatest ones.

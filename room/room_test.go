@@ -30,6 +30,25 @@ func TestSomeTellsAllBytes(t *testing.T) {
 	}
 }
 
+func TestLists(t *testing.T) {
+	for _, n := range []int{0, 1, 3} {
+		for _, size := range []int{0, 1, 60} {
+			all, again := Lists(n, size, 1), Lists(n, size, 1)
+			if len(all) != n || !Same(all, again) || Shared(append(all, again...)...) != -1 {
+				t.Errorf("Lists, %d of %d bytes: %d, and then others, or the same lists", n, size, len(all))
+			}
+			for _, list := range again {
+				if len(list) != size {
+					t.Errorf("Lists of %d bytes: one of %d", size, len(list))
+				}
+			}
+		}
+	}
+	if all := append(Lists(2, 60, 1), Lists(1, 60, 2)...); bytes.Equal(all[0], all[1]) || bytes.Equal(all[0], all[2]) {
+		t.Error("Lists of two places, or of two seeds: the same bytes")
+	}
+}
+
 func TestTapes(t *testing.T) {
 	for _, n := range []int{0, 1, 2, 300} {
 		all := Tapes(n)

@@ -17,20 +17,6 @@ var (
 	products = room.NewProducts()
 )
 
-// someStripes tells numbers of stripes: the least ones, and the greatest ones; of plans with many custodians fewer, as more are too slow here.
-func someStripes(p api.Plan) []int {
-	if p.N > 12 {
-		return []int{0, 1, 3}
-	}
-	return []int{0, 1, 2, 3, 17, 239, 240}
-}
-
-// wrongStripes tells numbers of stripes that are out of range.
-func wrongStripes() []int {
-	ends := slices.DeleteFunc(room.Ends(), func(n int) bool { return n == 0 })
-	return append(ends, -240, -241, 241, 242, 256, 257, 480, 512, 1<<32, 1<<32+1, 1<<32+240)
-}
-
 // shares tell all zero shares, by the document's words, point by point, without a product of polynomials.
 func shares(p api.Plan, stripes int, tape []byte) [][]byte {
 	all := make([][]byte, p.N)
@@ -62,31 +48,16 @@ func TestCostOfKnownStripes(t *testing.T) {
 	}
 }
 
-func TestCostOfAllStripes(t *testing.T) {
-	for _, p := range room.RightPlans() {
+func TestCostByTheWords(t *testing.T) {
+	room.EachStripes(func(p api.Plan, stripes int, right bool) {
 		want := 0
-		for stripes := range 241 {
-			if got := Cost(p, stripes); got != want {
-				t.Fatalf("Cost of %d stripes with %+v: %d, want %d", stripes, p, got, want)
-			}
-			want += p.T
+		if right {
+			want = p.T * stripes
 		}
-		for _, stripes := range wrongStripes() {
-			if got := Cost(p, stripes); got != 0 {
-				t.Fatalf("Cost of %d stripes with %+v: %d", stripes, p, got)
-			}
+		if got := Cost(p, stripes); got != want {
+			t.Fatalf("Cost of %d stripes with %+v: %d, want %d", stripes, p, got, want)
 		}
-	}
-}
-
-func TestCostWithAPlanThatMayNotBe(t *testing.T) {
-	for _, p := range room.WrongPlans() {
-		for _, stripes := range append(wrongStripes(), 0, 1, 2, 3, 239, 240) {
-			if got := Cost(p, stripes); got != 0 {
-				t.Errorf("Cost of %d stripes with %+v: %d", stripes, p, got)
-			}
-		}
-	}
+	})
 }
 
 func TestZeroOfKnownTapes(t *testing.T) {
@@ -115,7 +86,7 @@ func TestZeroOfKnownTapes(t *testing.T) {
 
 func TestZeroByTheWords(t *testing.T) {
 	for _, p := range room.EdgePlans() {
-		for _, stripes := range someStripes(p) {
+		for _, stripes := range room.SomeStripes(p) {
 			for _, tape := range room.Tapes(p.T * stripes) {
 				if got, e := Zero(field, p, stripes, tape); e != api.OK || !room.Same(got, shares(p, stripes, tape)) {
 					t.Fatalf("Zero of %d stripes with %+v: %v, %d", stripes, p, got, e)
@@ -187,7 +158,7 @@ func TestZeroTakesTheTapeStripeByStripe(t *testing.T) {
 
 func TestWhatTheTapeHasMoreIsNotLookedAt(t *testing.T) {
 	for _, p := range room.EdgePlans() {
-		for _, stripes := range someStripes(p) {
+		for _, stripes := range room.SomeStripes(p) {
 			tape := room.Some(p.T*stripes, 4)
 			want, _ := Zero(field, p, stripes, tape)
 			for _, more := range [][]byte{{0}, {255}, room.Some(400, 5)} {
@@ -223,7 +194,7 @@ func TestZeroWithAShortTape(t *testing.T) {
 
 func TestZeroOfStripesOutOfRange(t *testing.T) {
 	for _, p := range room.EdgePlans() {
-		for _, stripes := range wrongStripes() {
+		for _, stripes := range room.WrongStripes() {
 			for _, n := range []int{0, 1, 240, 241 * p.T, 60960} { // ErrRange is told ahead of ErrEmpty
 				refused(t, p, stripes, make([]byte, n), api.ErrRange)
 			}
@@ -234,7 +205,7 @@ func TestZeroOfStripesOutOfRange(t *testing.T) {
 
 func TestZeroWithAPlanThatMayNotBe(t *testing.T) {
 	for _, p := range room.WrongPlans() {
-		for _, stripes := range append(wrongStripes(), 0, 1, 3, 240) { // ErrArg is told ahead of all others
+		for _, stripes := range append(room.WrongStripes(), 0, 1, 3, 240) { // ErrArg is told ahead of all others
 			for _, n := range []int{0, 1, 1000} {
 				refused(t, p, stripes, make([]byte, n), api.ErrArg)
 			}
@@ -372,7 +343,7 @@ func TestAnyNeedNewSharesTellTheBlob(t *testing.T) {
 			for _, dealers := range []int{1, 2, p.T + 1} {
 				blob := room.Some(size, p.N)
 				all := renewed(t, p, blob, dealers)
-				for n := p.T + p.L; n <= p.N; n++ {
+				for n := room.Need(p); n <= p.N; n++ {
 					room.EachChoice(p.N, n, func(who []int) { checkBlob(t, p, blob, all, who) })
 				}
 			}
@@ -384,7 +355,7 @@ func TestNewSharesOfManyCustodiansTellTheBlob(t *testing.T) {
 	for seed, p := range room.EdgePlans() {
 		blob := room.Some(min(240, p.L+1), seed)
 		all := renewed(t, p, blob, 2)
-		checkBlob(t, p, blob, all, room.Mixed(p, p.T+p.L, seed))
+		checkBlob(t, p, blob, all, room.Mixed(p, room.Need(p), seed))
 		checkBlob(t, p, blob, all, room.Mixed(p, p.N, seed+1))
 	}
 }
@@ -393,7 +364,7 @@ func TestNewSharesOfAllSizesTellTheBlob(t *testing.T) {
 	for _, p := range []api.Plan{room.Plan(5, 1, 1, 3), room.Plan(5, 1, 3, 5), room.Plan(9, 2, 5, 8)} {
 		for size := range 241 {
 			blob := room.Some(size, 3*size)
-			checkBlob(t, p, blob, renewed(t, p, blob, 1), room.Mixed(p, p.T+p.L, size))
+			checkBlob(t, p, blob, renewed(t, p, blob, 1), room.Mixed(p, room.Need(p), size))
 		}
 	}
 }
@@ -402,7 +373,7 @@ func TestNewSharesOfAllSizesTellTheBlob(t *testing.T) {
 
 func TestWhatIsHandedInIsNotChanged(t *testing.T) {
 	for _, p := range room.EdgePlans() {
-		for _, stripes := range someStripes(p) {
+		for _, stripes := range room.SomeStripes(p) {
 			tape, same := room.Of(room.Some(p.T*stripes, 2)...)
 			Zero(field, p, stripes, tape)
 			Zero(field, p, stripes+1, tape)

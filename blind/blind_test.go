@@ -40,14 +40,6 @@ func found(p api.Plan, target int, who []int, parts [][]byte) []byte {
 	return products.Through(room.Points(who[:room.Need(p)]), parts, byte(target-1))
 }
 
-// targets tell some custodians: of few all, else the ones with the least, the greatest, and some other numbers.
-func targets(p api.Plan) []int {
-	all := []int{1, 2, 3, 4, 5, 6, p.N / 2, p.N - 1, p.N}
-	slices.Sort(all)
-	all = slices.Compact(all)
-	return slices.DeleteFunc(all, func(i int) bool { return i < 1 || i > p.N })
-}
-
 // others tell count custodians but the target, in some order.
 func others(p api.Plan, target, count, seed int) []int {
 	all := room.Mixed(p, p.N, seed)
@@ -57,12 +49,6 @@ func others(p api.Plan, target, count, seed int) []int {
 // counts tell of how many custodians but a target a share may be found: none, if Need are all there are.
 func counts(p api.Plan) []int {
 	return slices.DeleteFunc(append(room.Counts(p), p.N-1), func(n int) bool { return n < room.Need(p) || n == p.N })
-}
-
-// wrongCustodians tells numbers that are no custodian's.
-func wrongCustodians(p api.Plan) []int {
-	all := append(room.WrongStripes(), 0, p.N+1, p.N+2, p.N+p.L, p.N+256, 258, 1-256)
-	return slices.DeleteFunc(all, func(i int) bool { return 1 <= i && i <= p.N })
 }
 
 // P13.1
@@ -135,7 +121,7 @@ func TestBlindByTheWords(t *testing.T) {
 	for _, p := range room.EdgePlans() {
 		for _, stripes := range room.SomeStripes(p) {
 			for _, tape := range room.Tapes(cost(p, stripes)) {
-				for _, target := range targets(p) {
+				for _, target := range room.SomeCustodians(p) {
 					checkBlind(t, p, stripes, target, tape)
 				}
 			}
@@ -173,7 +159,7 @@ func TestBlindOfTheMostStripesWithTheMostCustodians(t *testing.T) {
 
 func TestBlindOfNoStripe(t *testing.T) {
 	for _, p := range room.EdgePlans() {
-		for _, target := range targets(p) {
+		for _, target := range room.SomeCustodians(p) {
 			for _, tape := range [][]byte{nil, {}, room.Some(9, 1)} {
 				if got, e := Blind(field, p, 0, target, tape); e != api.OK || !room.Same(got, make([][]byte, p.N)) {
 					t.Errorf("Blind of no stripe with %+v for %d: %v, %d", p, target, got, e)
@@ -185,7 +171,7 @@ func TestBlindOfNoStripe(t *testing.T) {
 
 func TestTheTargetsOwnBlindingsAreNoughts(t *testing.T) {
 	for _, p := range room.EdgePlans() {
-		for _, target := range targets(p) {
+		for _, target := range room.SomeCustodians(p) {
 			got, e := Blind(field, p, 3, target, room.Some(cost(p, 3), target))
 			if e != api.OK || !bytes.Equal(got[target-1], make([]byte, 3)) {
 				t.Fatalf("Blind with %+v for %d: its own are %v, %d", p, target, got[target-1], e)
@@ -269,7 +255,7 @@ func TestBlindOfStripesOutOfRange(t *testing.T) {
 
 func TestBlindForNoCustodian(t *testing.T) {
 	for _, p := range room.EdgePlans() {
-		for _, target := range wrongCustodians(p) {
+		for _, target := range room.WrongCustodians(p) {
 			for _, stripes := range []int{0, 1, 3, 240} {
 				noBlindings(t, p, stripes, target, make([]byte, cost(p, stripes)), api.ErrRange)
 				noBlindings(t, p, stripes, target, nil, api.ErrRange) // ahead of ErrEmpty
@@ -327,7 +313,7 @@ func checkFind(t *testing.T, p api.Plan, stripes, target int, who []int, parts [
 func TestFindByTheWords(t *testing.T) {
 	for _, p := range room.EdgePlans() {
 		for _, stripes := range room.SomeStripes(p) {
-			for _, target := range targets(p) {
+			for _, target := range room.SomeCustodians(p) {
 				for _, n := range counts(p) {
 					checkFind(t, p, stripes, target, others(p, target, n, stripes), room.Lists(n, stripes, target))
 				}
@@ -369,7 +355,7 @@ func TestFindLooksAtTheFirstNeedPartsAlone(t *testing.T) {
 		if need >= p.N-1 {
 			continue
 		}
-		for _, target := range targets(p) {
+		for _, target := range room.SomeCustodians(p) {
 			who, parts := others(p, target, p.N-1, 1), room.Lists(p.N-1, 2, 1)
 			want := found(p, target, who, parts)
 			for seed := range 3 {
@@ -439,7 +425,7 @@ func TestFindOfStripesOutOfRange(t *testing.T) {
 func TestFindForNoCustodian(t *testing.T) {
 	for _, p := range room.EdgePlans() {
 		all := room.Mixed(p, p.N, 1)
-		for _, target := range wrongCustodians(p) {
+		for _, target := range room.WrongCustodians(p) {
 			notFound(t, p, 2, target, all, room.Lists(p.N, 2, 1), api.ErrRange)
 			notFound(t, p, 0, target, all, make([][]byte, p.N), api.ErrRange)
 			notFound(t, p, 2, target, append(slices.Clone(all), all[0]), room.Lists(p.N+1, 2, 1), api.ErrRange) // ahead of ErrTwice
@@ -471,7 +457,7 @@ func notOf(t *testing.T, p api.Plan, target, i int) {
 
 func TestFindOfPartsOfNoCustodian(t *testing.T) {
 	for _, p := range room.EdgePlans() {
-		for _, i := range wrongCustodians(p) {
+		for _, i := range room.WrongCustodians(p) {
 			notOf(t, p, 1, i)
 			notOf(t, p, p.N, i)
 		}
@@ -480,7 +466,7 @@ func TestFindOfPartsOfNoCustodian(t *testing.T) {
 
 func TestFindOfAPartOfTheTarget(t *testing.T) {
 	for _, p := range room.EdgePlans() {
-		for _, target := range targets(p) {
+		for _, target := range room.SomeCustodians(p) {
 			notOf(t, p, target, target)
 			notFound(t, p, 2, target, room.Mixed(p, p.N, 1), room.Lists(p.N, 2, 1), api.ErrRange)
 		}
@@ -491,7 +477,7 @@ func TestFindOfTheSameCustodianTwice(t *testing.T) {
 	for _, p := range room.SmallPlans(6) {
 		for a := range p.N - 1 {
 			for b := range a {
-				for _, target := range targets(p) {
+				for _, target := range room.SomeCustodians(p) {
 					who := others(p, target, p.N-1, 1)
 					who[a] = who[b]
 					notFound(t, p, 2, target, who, room.Lists(p.N-1, 2, 1), api.ErrTwice)
@@ -628,7 +614,7 @@ func TestAnyNeedPartsTellTheTargetsShare(t *testing.T) {
 
 func TestPartsOfManyCustodiansTellTheTargetsShare(t *testing.T) {
 	for seed, p := range room.EdgePlans() {
-		for _, target := range targets(p) {
+		for _, target := range room.SomeCustodians(p) {
 			shares, parts := helped(t, p, min(240, p.L+1), target, 2)
 			for _, n := range counts(p) {
 				checkHelped(t, p, target, shares[target-1], parts, others(p, target, n, seed))

@@ -284,7 +284,7 @@ func TestShareByTheWords(t *testing.T) {
 
 func TestShareOfNoCustodian(t *testing.T) {
 	for _, p := range room.EdgePlans() {
-		for _, i := range append(room.Ends(), p.N+1, p.N+2, p.N+p.L, p.N+256, p.N+257, 256, 257) {
+		for _, i := range room.WrongCustodians(p) {
 			for _, size := range []int{0, 1, 240, 241, 1000} { // ErrRange is told ahead of ErrBig and ErrEmpty
 				for _, n := range []int{0, cost(p, min(size, 240))} {
 					if got, e := Share(field, p, make([]byte, size), make([]byte, n), i); e != api.ErrRange || len(got) != 0 {

@@ -193,7 +193,7 @@ func TestBlobOfNoCustodian(t *testing.T) {
 	for _, p := range room.EdgePlans() {
 		size := p.L + 1
 		shares := room.Lists(p.N, stripes(p, size), 1)
-		for _, i := range append(room.Ends(), p.N+1, p.N+2, p.N+p.L, p.N+256, 256, 257, 258, 1-256) {
+		for _, i := range room.WrongCustodians(p) {
 			for _, at := range []int{0, 1, room.Need(p) - 1, p.N - 1} {
 				who := room.Mixed(p, p.N, 1)
 				who[at] = i

@@ -172,6 +172,20 @@ func Mixed(p api.Plan, count, seed int) []int {
 	return who[:count:count]
 }
 
+// SomeCustodians tells the ones with the least, the greatest, and some other numbers; of few custodians all.
+func SomeCustodians(p api.Plan) []int {
+	all := []int{1, 2, 3, 4, 5, 6, p.N / 2, p.N - 1, p.N}
+	slices.Sort(all)
+	all = slices.Compact(all)
+	return slices.DeleteFunc(all, func(i int) bool { return i < 1 || i > p.N })
+}
+
+// WrongCustodians tells numbers that are no custodian's.
+func WrongCustodians(p api.Plan) []int {
+	all := append(Ends(), p.N+1, p.N+2, p.N+p.L, p.N+256, p.N+257, 256, 257, 258, 1-256, wide+1, wide+p.N, 1-wide)
+	return slices.DeleteFunc(all, func(i int) bool { return 1 <= i && i <= p.N })
+}
+
 // EachChoice calls check with all choices of count of the numbers from 1 to n, rising.
 func EachChoice(n, count int, check func(who []int)) {
 	for set := range 1 << n {

@@ -196,6 +196,41 @@ func TestMixedHangsOnSeed(t *testing.T) {
 	}
 }
 
+func TestSomeCustodians(t *testing.T) {
+	for _, p := range slices.Concat(RightPlans(), EdgePlans()) {
+		all := SomeCustodians(p)
+		for _, i := range all {
+			if !plan.Is(p, i) {
+				t.Errorf("SomeCustodians of %+v: %d", p, i)
+			}
+		}
+		for _, i := range []int{1, 2, min(5, p.N), p.N - 1, p.N} {
+			if !slices.Contains(all, i) {
+				t.Errorf("SomeCustodians of %+v: %v, without %d", p, all, i)
+			}
+		}
+		if !slices.IsSorted(all) || len(slices.Compact(slices.Clone(all))) != len(all) {
+			t.Errorf("SomeCustodians of %+v: %v", p, all)
+		}
+	}
+}
+
+func TestWrongCustodians(t *testing.T) {
+	for _, p := range slices.Concat(RightPlans(), EdgePlans()) {
+		all := WrongCustodians(p)
+		for _, i := range all {
+			if plan.Is(p, i) {
+				t.Errorf("WrongCustodians of %+v: %d", p, i)
+			}
+		}
+		for _, i := range []int{math.MinInt, -1, 0, p.N + 1, 257, p.N + 256, math.MaxInt32 + 1, math.MaxInt} {
+			if !slices.Contains(all, i) {
+				t.Errorf("WrongCustodians of %+v: %v, without %d", p, all, i)
+			}
+		}
+	}
+}
+
 func TestEachChoice(t *testing.T) {
 	for _, test := range []struct {
 		n, count int

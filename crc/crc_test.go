@@ -40,16 +40,6 @@ func behind(list []byte, more ...byte) []byte {
 	return slices.Concat(list, more)
 }
 
-// turned is a list some of whose bits in order, from one on, are turned: those that the mask says, as far as there are any.
-func turned(list []byte, bit int, mask uint64) []byte {
-	list = bytes.Clone(list)
-	for k := bit; mask != 0 && k < 8*len(list); k++ {
-		list[k/8] ^= byte(mask&1) << (k % 8)
-		mask >>= 1
-	}
-	return list
-}
-
 // P5.1
 
 func TestSumOfKnownTexts(t *testing.T) {
@@ -299,31 +289,12 @@ func places(c *Table, check func(sealed []byte, bit int)) {
 	}
 }
 
-func TestTurnedBitsInAllSmallMasks(t *testing.T) {
+func TestTurnedBits(t *testing.T) {
 	c := New()
 	places(c, func(sealed []byte, bit int) {
-		left := 8*len(sealed) - bit
-		for mask := uint64(1); mask < 1<<min(9, left); mask += 2 {
-			if c.Good(turned(sealed, bit, mask)) {
-				t.Errorf("Good of %d bytes with the bits %b from %d on turned", len(sealed), mask, bit)
-			}
-		}
-	})
-}
-
-func TestTurnedBitsOfAllWidths(t *testing.T) {
-	c := New()
-	places(c, func(sealed []byte, bit int) {
-		state := uint64(bit + len(sealed))
 		for wide := 1; wide <= min(32, 8*len(sealed)-bit); wide++ {
-			ends, all := uint64(1)|1<<(wide-1), uint64(1)<<wide-1
-			masks := []uint64{ends, all, all & (0x5555555555555555 | ends), all & (0x3333333333333333 | ends)}
-			for range 12 {
-				state = state*6364136223846793005 + 1442695040888963407
-				masks = append(masks, all&(state>>32|ends))
-			}
-			for _, mask := range masks {
-				if c.Good(turned(sealed, bit, mask)) {
+			for _, mask := range room.Masks(wide, bit+len(sealed)) {
+				if c.Good(room.Turned(sealed, bit, mask)) {
 					t.Errorf("Good of %d bytes with the bits %b from %d on turned", len(sealed), mask, bit)
 				}
 			}
@@ -339,7 +310,7 @@ func TestTurnedBitsInNoMask(t *testing.T) {
 		for bit := range 8*len(sealed) - 31 {
 			var least [32]uint32 // by its highest bit: what some mask does
 			for k := range 32 {
-				does := whatTurns(c, turned(sealed, bit+k, 1))
+				does := whatTurns(c, room.Turned(sealed, bit+k, 1))
 				for high := 31; high >= 0; high-- {
 					if does>>high&1 == 1 {
 						does ^= least[high]
@@ -368,7 +339,7 @@ func TestThePolynomialTurns33Bits(t *testing.T) {
 	for _, n := range []int{1, 2, 60} {
 		sealed := c.Seal(room.Some(n, n+3))
 		for bit := range 8*len(sealed) - 32 {
-			if !c.Good(turned(sealed, bit, 1|0xEDB88320<<1)) {
+			if !c.Good(room.Turned(sealed, bit, 1|0xEDB88320<<1)) {
 				t.Errorf("of %d bytes the polynomial's bits from %d on turn, and it is not Good", len(sealed), bit)
 			}
 		}

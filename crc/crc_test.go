@@ -3,25 +3,11 @@ package crc
 import (
 	"bytes"
 	"hash/crc32"
-	"math"
 	"slices"
 	"testing"
 
 	"sherd/room"
 )
-
-// slowSum is the sum by the document's words, bit by bit.
-func slowSum(b []byte) uint32 {
-	rest := uint32(math.MaxUint32)
-	for place := range 8 * len(b) {
-		turned := rest&1 != uint32(b[place/8]>>(place%8)&1)
-		rest >>= 1
-		if turned {
-			rest ^= 0xEDB88320
-		}
-	}
-	return rest ^ math.MaxUint32
-}
 
 // lists are bytes of all kinds of lengths, with noughts and full bytes ahead, between and behind.
 func lists() [][]byte {
@@ -66,12 +52,12 @@ func TestSumOfKnownTexts(t *testing.T) {
 func TestSumOfAllBytesAndPairs(t *testing.T) {
 	c := New()
 	for a := range 256 {
-		if got, want := c.Sum([]byte{byte(a)}), slowSum([]byte{byte(a)}); got != want {
+		if got, want := c.Sum([]byte{byte(a)}), room.Sum([]byte{byte(a)}); got != want {
 			t.Errorf("Sum of %d: %#x, want %#x", a, got, want)
 		}
 		for b := range 256 {
 			two := []byte{byte(a), byte(b)}
-			if got, want := c.Sum(two), slowSum(two); got != want {
+			if got, want := c.Sum(two), room.Sum(two); got != want {
 				t.Errorf("Sum of %v: %#x, want %#x", two, got, want)
 			}
 		}
@@ -83,7 +69,7 @@ func TestSumOfAllLengths(t *testing.T) {
 	for n := range 700 {
 		for seed := range 3 {
 			b := room.Some(n, seed*1000+n)
-			if got, want := c.Sum(b), slowSum(b); got != want || got != crc32.ChecksumIEEE(b) {
+			if got, want := c.Sum(b), room.Sum(b); got != want || got != crc32.ChecksumIEEE(b) {
 				t.Errorf("Sum of %d bytes: %#x, want %#x", n, got, want)
 			}
 		}
@@ -97,7 +83,7 @@ func TestSumOfAllLengths(t *testing.T) {
 func TestSumOfParts(t *testing.T) {
 	c := New()
 	for _, b := range [][]byte{nil, {7}, {0, 0, 0}, []byte("123456789"), room.Some(40, 1)} {
-		want := slowSum(b)
+		want := room.Sum(b)
 		for i := range len(b) + 1 {
 			for k := i; k <= len(b); k++ {
 				if got := c.Sum(b[:i], b[i:k], b[k:]); got != want {
@@ -122,7 +108,7 @@ func TestSumOfAnyNumberOfParts(t *testing.T) {
 		if n > 40 && n%97 != 0 && n != 3000 {
 			continue
 		}
-		if got, want := c.Sum(parts...), slowSum(b[:n]); got != want {
+		if got, want := c.Sum(parts...), room.Sum(b[:n]); got != want {
 			t.Errorf("Sum of %d parts: %#x, want %#x", n, got, want)
 		}
 	}
@@ -142,8 +128,8 @@ func TestSumOfOnePartTwiceAndOfOrders(t *testing.T) {
 	c := New()
 	a, b := []byte("sherd"), []byte("of a pot")
 	for _, test := range []struct{ got, want uint32 }{
-		{c.Sum(a, a), slowSum([]byte("sherdsherd"))}, {c.Sum(a, b), slowSum([]byte("sherdof a pot"))},
-		{c.Sum(b, a), slowSum([]byte("of a potsherd"))}, {c.Sum(a[:3], a[1:]), slowSum([]byte("sheherd"))},
+		{c.Sum(a, a), room.Sum([]byte("sherdsherd"))}, {c.Sum(a, b), room.Sum([]byte("sherdof a pot"))},
+		{c.Sum(b, a), room.Sum([]byte("of a potsherd"))}, {c.Sum(a[:3], a[1:]), room.Sum([]byte("sheherd"))},
 	} {
 		if test.got != test.want {
 			t.Errorf("Sum: %#x, want %#x", test.got, test.want)
@@ -154,7 +140,7 @@ func TestSumOfOnePartTwiceAndOfOrders(t *testing.T) {
 func TestSeal(t *testing.T) {
 	c := New()
 	for _, b := range lists() {
-		sum := slowSum(b)
+		sum := room.Sum(b)
 		want := behind(b, byte(sum), byte(sum>>8), byte(sum>>16), byte(sum>>24))
 		if got := c.Seal(b); !bytes.Equal(got, want) {
 			t.Errorf("Seal of %v: %v, want %v", b, got, want)
@@ -173,7 +159,7 @@ func TestSeal(t *testing.T) {
 func TestGoodOfTheSumLowestFirst(t *testing.T) {
 	c := New()
 	for _, b := range lists() {
-		sum := slowSum(b)
+		sum := room.Sum(b)
 		if !c.Good(behind(b, byte(sum), byte(sum>>8), byte(sum>>16), byte(sum>>24))) {
 			t.Errorf("Good of %v and its sum: false", b)
 		}

@@ -2,7 +2,6 @@ package sector
 
 import (
 	"bytes"
-	"hash/crc32"
 	"math"
 	"slices"
 	"testing"
@@ -13,13 +12,6 @@ import (
 )
 
 var table = crc.New()
-
-// sealedByWords is a payload, bytes 0 up to the sixtieth, and their sum, the lowest byte first.
-func sealedByWords(payload []byte) []byte {
-	ahead := slices.Concat(payload, make([]byte, 60-len(payload)))
-	sum := crc32.ChecksumIEEE(ahead)
-	return append(ahead, byte(sum), byte(sum>>8), byte(sum>>16), byte(sum>>24))
-}
 
 // payloads are bytes of all lengths that a payload may have, with noughts and full bytes ahead, between and behind.
 func payloads() [][]byte {
@@ -52,7 +44,7 @@ func TestSealOfKnownPayloads(t *testing.T) {
 
 func TestSealOfAllLengths(t *testing.T) {
 	for _, payload := range payloads() {
-		if got, want := Seal(table, payload), sealedByWords(payload); len(got) != 64 || !bytes.Equal(got, want) {
+		if got, want := Seal(table, payload), room.Sealed(payload); len(got) != 64 || !bytes.Equal(got, want) {
 			t.Errorf("Seal of %v: %v, want %v", payload, got, want)
 		}
 	}
@@ -74,7 +66,7 @@ func TestSealOfAPayloadThatIsTooLong(t *testing.T) {
 func TestSealReadsNoSpareRoom(t *testing.T) {
 	whole := bytes.Repeat([]byte{255}, 64)
 	for n := range 61 {
-		if got, want := Seal(table, whole[:n]), sealedByWords(whole[:n:n]); !bytes.Equal(got, want) {
+		if got, want := Seal(table, whole[:n]), room.Sealed(whole[:n:n]); !bytes.Equal(got, want) {
 			t.Errorf("Seal of %d bytes with spare room: %v, want %v", n, got, want)
 		}
 	}
@@ -82,7 +74,7 @@ func TestSealReadsNoSpareRoom(t *testing.T) {
 
 func TestOpenOfWhatIsSealed(t *testing.T) {
 	for _, payload := range payloads() {
-		b := sealedByWords(payload)
+		b := room.Sealed(payload)
 		if got, ok := Open(table, b); !ok || !bytes.Equal(got, b[:60]) {
 			t.Errorf("Open of %v and its sum: %v, %t", b[:60], got, ok)
 		}
@@ -97,7 +89,7 @@ func opensNot(b []byte) bool {
 
 func TestOpenOfAnotherSum(t *testing.T) {
 	for _, payload := range payloads() {
-		b := sealedByWords(payload)
+		b := room.Sealed(payload)
 		for k := 60; k < 64; k++ {
 			for _, change := range []byte{1, 2, 16, 128, 255} {
 				b[k] ^= change
@@ -111,8 +103,8 @@ func TestOpenOfAnotherSum(t *testing.T) {
 }
 
 func TestOpenOfWhatIsNotSealedSo(t *testing.T) {
-	sum := sealedByWords([]byte("abc"))[60:]
-	highestFirst := sealedByWords([]byte("abc"))
+	sum := room.Sealed([]byte("abc"))[60:]
+	highestFirst := room.Sealed([]byte("abc"))
 	slices.Reverse(highestFirst[60:])
 	for _, test := range []struct {
 		name string
@@ -141,7 +133,7 @@ func TestOpenOfOtherLengths(t *testing.T) {
 			}
 		}
 	}
-	s := sealedByWords([]byte("abc"))
+	s := room.Sealed([]byte("abc"))
 	for _, b := range [][]byte{s[:63], s[1:], append(s[:64:64], 0), append([]byte{0}, s...), slices.Concat(s, s), slices.Concat(s, make([]byte, 64)), s[:60], s[:0], s[60:]} {
 		if !opensNot(b) {
 			t.Errorf("Open of %d bytes of a sealed sector, and others, tells something", len(b))
@@ -150,7 +142,7 @@ func TestOpenOfOtherLengths(t *testing.T) {
 }
 
 func TestOpenAndClearReadNoSpareRoom(t *testing.T) {
-	for _, whole := range [][]byte{sealedByWords([]byte("abc")), make([]byte, 64)} {
+	for _, whole := range [][]byte{room.Sealed([]byte("abc")), make([]byte, 64)} {
 		for n := range 64 {
 			if !opensNot(whole[:n]) || Clear(whole[:n]) {
 				t.Errorf("of %d bytes, with those that lack as spare room: a sector", n)
@@ -256,7 +248,7 @@ func TestBitsThatTurnBack(t *testing.T) {
 
 func TestWhatIsHandedInIsNotChanged(t *testing.T) {
 	before := *table
-	for _, b := range append(payloads(), make([]byte, 64), room.Some(64, 1), sealedByWords(nil), sealedByWords([]byte("abc")), make([]byte, 61), make([]byte, 500)) {
+	for _, b := range append(payloads(), make([]byte, 64), room.Some(64, 1), room.Sealed(nil), room.Sealed([]byte("abc")), make([]byte, 61), make([]byte, 500)) {
 		list, unchanged := room.Of(b...)
 		Seal(table, list)
 		Open(table, list)
@@ -273,7 +265,7 @@ func TestWhatIsHandedInIsNotChanged(t *testing.T) {
 func TestAnswersShareNoMemory(t *testing.T) {
 	for _, n := range []int{0, 1, 59, 60} {
 		payload := room.Some(n, n)
-		s := sealedByWords(payload)
+		s := room.Sealed(payload)
 		first, _ := Open(table, s)
 		second, _ := Open(table, s)
 		if k := room.Shared(payload, Seal(table, payload), Seal(table, payload), s, first, second, Zero(), Zero()); k >= 0 {
@@ -298,7 +290,7 @@ func TestAnswersHangOnArgumentsAlone(t *testing.T) {
 }
 
 func TestNothingIsSealedWithoutATable(t *testing.T) {
-	for _, b := range append(payloads(), make([]byte, 61), make([]byte, 64), sealedByWords([]byte("abc")), slices.Concat([]byte("abc"), make([]byte, 61))) {
+	for _, b := range append(payloads(), make([]byte, 61), make([]byte, 64), room.Sealed([]byte("abc")), slices.Concat([]byte("abc"), make([]byte, 61))) {
 		if got := Seal(nil, b); len(got) != 0 {
 			t.Errorf("Seal of %v without a table: %v", b, got)
 		}
@@ -309,7 +301,7 @@ func TestNothingIsSealedWithoutATable(t *testing.T) {
 }
 
 func TestNoCallPanicsWithATableThatNewDidNotMake(t *testing.T) {
-	for _, b := range append(payloads(), nil, make([]byte, 61), make([]byte, 64), sealedByWords(nil)) {
+	for _, b := range append(payloads(), nil, make([]byte, 61), make([]byte, 64), room.Sealed(nil)) {
 		Seal(&crc.Table{}, b)
 		Open(&crc.Table{}, b)
 	}

@@ -29,6 +29,20 @@ func Masks(wide, seed int) []uint64 {
 	return all
 }
 
+// near is how many bits in order, from one on, may turn so that a sum of 32 bits tells it.
+const near = 32
+
+// EachTurn calls check with copies of a list, from each of whose bits on some that are near it are turned, with the first of these, and the mask that says which.
+func EachTurn(list []byte, check func(turned []byte, bit int, mask uint64)) {
+	for bit := range 8 * len(list) {
+		for wide := 1; wide <= min(near, 8*len(list)-bit); wide++ {
+			for _, mask := range Masks(wide, bit) {
+				check(Turned(list, bit, mask), bit, mask)
+			}
+		}
+	}
+}
+
 // picked tells some numbers, which hang on seed alone.
 func picked(count, seed int) []uint64 {
 	all := make([]uint64, count)

@@ -61,3 +61,28 @@ func TestMasksOfFewBitsAreAll(t *testing.T) {
 		t.Error("Masks of two seeds: the same")
 	}
 }
+
+func TestEachTurnTurnsBitsThatAreNear(t *testing.T) {
+	for _, n := range []int{0, 1, 2, 4, 5, 9} {
+		list, unchanged := Of(Some(n, n)...)
+		met := map[[2]int]int{} // by the first bit that is turned, and how many in order there are up to the last one
+		EachTurn(list, func(turned []byte, bit int, mask uint64) {
+			if !bytes.Equal(turned, Turned(list, bit, mask)) || bytes.Equal(turned, list) {
+				t.Fatalf("EachTurn of %v from %d on by %b: %v", list, bit, mask, turned)
+			}
+			clear(turned) // a copy of the list, which stays
+			met[[2]int{bit, bits.Len64(mask)}]++
+		})
+		if !unchanged() {
+			t.Errorf("EachTurn has changed %d bytes", n)
+		}
+		for bit := range 8*n + 1 {
+			for wide := range 66 {
+				got := met[[2]int{bit, wide}]
+				if may := 1 <= wide && wide <= 32 && bit+wide <= 8*n; may && got != len(Masks(wide, bit)) || !may && got != 0 {
+					t.Errorf("EachTurn of %d bytes from %d on, %d wide: %d masks", n, bit, wide, got)
+				}
+			}
+		}
+	}
+}

@@ -362,15 +362,11 @@ func TestGetOfANearlyClearSector(t *testing.T) {
 func TestGetWhenBitsTurn(t *testing.T) {
 	for _, s := range []api.Super{{}, sound(0, 0), sound(258, 3), suspect(most, most)} {
 		b := sectorOf(s)
-		for bit := range 512 {
-			for wide := 1; wide <= min(32, 512-bit); wide++ {
-				for _, mask := range room.Masks(wide, bit) {
-					if turned := room.Turned(b, bit, mask); !getsNot(turned) {
-						t.Fatalf("Get of %v with the bits %b from %d on turned", b, mask, bit)
-					}
-				}
+		room.EachTurn(b, func(turned []byte, bit int, mask uint64) {
+			if !getsNot(turned) {
+				t.Fatalf("Get of %v with the bits %b from %d on turned", b, mask, bit)
 			}
-		}
+		})
 	}
 }
 

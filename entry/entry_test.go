@@ -3,7 +3,6 @@ package entry
 import (
 	"bytes"
 	"encoding/binary"
-	"math"
 	"slices"
 	"testing"
 
@@ -17,111 +16,10 @@ var table = crc.New()
 // roomForText is how many bytes 32 bodies of 58 have.
 const roomForText = 32 * 58
 
-// full tells a change with a sector's bytes, which hang on its place.
-func full(at int) api.Change {
-	return api.Change{At: at, Data: room.Some(64, at)}
-}
-
-// places tells count places of changes, unlike, which hang on seed alone.
-func places(count, seed int) []int {
-	all := []int{0}
-	for at := 34; at < 512; at++ {
-		all = append(all, at)
-	}
-	mix(all, seed)
-	return all[:count]
-}
-
-// mix puts a list in another order, which hangs on seed alone.
-func mix[T any](l []T, seed int) {
-	for k, b := range room.Some(len(l), seed) {
-		other := int(b) % (k + 1)
-		l[k], l[other] = l[other], l[k]
-	}
-}
-
-// changes tells so many changes with bytes, and so many without, mixed, which hang on seed beside that alone.
-func changes(given, bare, seed int) []api.Change {
-	var l []api.Change
-	for k, at := range places(given+bare, seed) {
-		c := api.Change{At: at}
-		if k < given {
-			c = full(at)
-		}
-		l = append(l, c)
-	}
-	mix(l, seed+1)
-	return l
-}
-
-// right tells many changes that may be: the fewest and the most, those about where one more body begins, and such as have bytes 0.
-func right() [][]api.Change {
-	zeros, greatest := make([]byte, 64), bytes.Repeat([]byte{255}, 64)
-	all := [][]api.Change{
-		nil, {}, {{At: 0}}, {{At: 34}}, {{At: 511}}, {{At: 0, Data: []byte{}}}, {full(0)}, {full(34)}, {full(511)}, {full(256)},
-		{{At: 40, Data: zeros}}, {{At: 40, Data: greatest}}, {{At: 0}, {At: 40, Data: zeros}, {At: 41}}, {{At: 41}, {At: 40}, {At: 39, Data: greatest}, {At: 0}},
-		{full(0), {At: 511}, full(34)}, {{At: 511}, {At: 34}, {At: 0}}, {{At: 256}, {At: 255}, {At: 257}, full(258)},
-	}
-	for bare := range 80 {
-		all = append(all, changes(0, bare, bare), changes(1, bare, bare))
-	}
-	for given := range 28 {
-		all = append(all, changes(given, 0, given), changes(given, (roomForText-2-67*given)/3%479, given), changes(given, 9, given))
-	}
-	return append(all, changes(0, 479, 1), changes(0, 478, 2), changes(6, 473, 3), changes(27, 15, 1), changes(27, 15, 2))
-}
-
-// textOf tells the text of changes, by the document's words.
-func textOf(l []api.Change) []byte {
-	text := binary.BigEndian.AppendUint16(nil, uint16(len(l)))
-	for _, c := range l {
-		text = binary.BigEndian.AppendUint16(text, uint16(c.At))
-		if len(c.Data) == 0 {
-			text = append(text, 0)
-		} else {
-			text = append(append(text, 1), c.Data...)
-		}
-	}
-	return text
-}
-
-// payloadsOf tells the head and the bodies of a text, whatever it is, by the document's words, not filled up, and not sealed.
-func payloadsOf(text []byte) [][]byte {
-	n := len(text) / 58
-	if len(text)%58 != 0 {
-		n++
-	}
-	head := []byte{106, byte(n), byte(len(text) >> 8), byte(len(text))}
-	all := [][]byte{binary.BigEndian.AppendUint32(head, room.Sum(text))}
-	for k := range n {
-		all = append(all, append([]byte{98, byte(k)}, text[58*k:min(58*k+58, len(text))]...))
-	}
-	return all
-}
-
-// sealed tells the sealed sectors of payloads.
-func sealed(payloads [][]byte) [][]byte {
-	var all [][]byte
-	for _, payload := range payloads {
-		all = append(all, room.Sealed(payload))
-	}
-	return all
-}
-
-// sectorsOf tells the sectors of changes, by the document's words.
-func sectorsOf(l []api.Change) [][]byte {
-	return sealed(payloadsOf(textOf(l)))
-}
-
-// same tells whether two lists have the same changes.
-func same(a, b []api.Change) bool {
-	return slices.EqualFunc(a, b, func(c, d api.Change) bool { return c.At == d.At && bytes.Equal(c.Data, d.Data) })
-}
-
 // gets tells whether Get tells some changes, and true.
 func gets(sectors [][]byte, want []api.Change) bool {
 	got, ok := Get(table, sectors)
-	return ok && same(got, want)
+	return ok && room.SameChanges(got, want)
 }
 
 // getsNot tells whether Get tells nothing, false.
@@ -139,17 +37,11 @@ func TestMost(t *testing.T) {
 }
 
 func TestCheckOfWhatMayBe(t *testing.T) {
-	for _, l := range right() {
+	for _, l := range room.RightChanges() {
 		if e := Check(l); e != api.OK {
 			t.Errorf("Check of %d changes: %d", len(l), e)
 		}
 	}
-}
-
-// wrongAts are numbers that no change may have; the lower bytes of some are one's.
-func wrongAts() []int {
-	all := append(room.Ends(), 1, 2, 3, 31, 32, 33, 512, 513, 545, 546, 1023, 1024, 1<<16-1, 1<<16, 1<<16+34, 1<<16+511, 1<<32, 1<<32+34, 1<<32+511, -34, -511, -512, -478, math.MinInt+34, math.MinInt+511)
-	return slices.DeleteFunc(all, func(at int) bool { return at == 0 })
 }
 
 func TestCheckOfEachAt(t *testing.T) {
@@ -167,11 +59,11 @@ func TestCheckOfEachAt(t *testing.T) {
 }
 
 func TestCheckOfAWrongAtAmongOthers(t *testing.T) {
-	for _, at := range wrongAts() {
+	for _, at := range room.WrongPlaces() {
 		for _, n := range []int{0, 1, 5} {
 			for k := range n + 1 {
 				for _, c := range []api.Change{{At: at}, {At: at, Data: room.Some(64, 1)}} {
-					if e := Check(slices.Insert(changes(n, n, n), k, c)); e != api.ErrRange {
+					if e := Check(slices.Insert(room.Changes(n, n, n), k, c)); e != api.ErrRange {
 						t.Errorf("Check of %d changes with one at %d: %d", 2*n+1, at, e)
 					}
 				}
@@ -184,9 +76,9 @@ func TestCheckOfTwoThatAreTheSame(t *testing.T) {
 	for _, at := range []int{0, 34, 35, 255, 256, 510, 511} {
 		for _, n := range []int{0, 1, 2, 7} {
 			for k := range n + 1 {
-				others := slices.DeleteFunc(changes(n, n, n), func(c api.Change) bool { return c.At == at })
+				others := slices.DeleteFunc(room.Changes(n, n, n), func(c api.Change) bool { return c.At == at })
 				for _, c := range []api.Change{{At: at}, {At: at, Data: room.Some(64, 1)}} {
-					l := slices.Insert(slices.Clone(others), min(k, len(others)), full(at))
+					l := slices.Insert(slices.Clone(others), min(k, len(others)), room.FullChange(at))
 					if e := Check(l); e != api.OK {
 						t.Errorf("Check of a change at %d among %d: %d", at, len(l), e)
 					}
@@ -197,7 +89,7 @@ func TestCheckOfTwoThatAreTheSame(t *testing.T) {
 			}
 		}
 	}
-	all := changes(0, 479, 1)
+	all := room.Changes(0, 479, 1)
 	for _, c := range []api.Change{all[0], all[478], {At: 0}} {
 		if e := Check(append(all, c)); e != api.ErrTwice {
 			t.Errorf("Check of all changes, and one at %d once more: %d", c.At, e)
@@ -216,7 +108,7 @@ func TestCheckOfDataOfOtherLengths(t *testing.T) {
 			want = api.OK
 		}
 		c := api.Change{At: 33 + 100, Data: make([]byte, n)}
-		for _, l := range [][]api.Change{{c}, {c, {At: 40}}, {full(40), c}, {{At: 0}, c, full(511)}} {
+		for _, l := range [][]api.Change{{c}, {c, {At: 40}}, {room.FullChange(40), c}, {{At: 0}, c, room.FullChange(511)}} {
 			if e := Check(l); e != want {
 				t.Errorf("Check of %d changes, one with %d bytes: %d", len(l), n, e)
 			}
@@ -235,7 +127,7 @@ func TestCheckReadsNoSpareRoom(t *testing.T) {
 		if e := Check(l); e != want {
 			t.Errorf("Check of changes with %d bytes and spare room: %d", n, e)
 		}
-		if got, e := Put(table, l); want == api.OK && (e != api.OK || !room.Same(got, sectorsOf(l))) {
+		if got, e := Put(table, l); want == api.OK && (e != api.OK || !room.Same(got, room.ChangesSectors(l))) {
 			t.Errorf("Put of changes with %d bytes and spare room: %v, %d", n, got, e)
 		}
 	}
@@ -248,62 +140,28 @@ func TestCheckOfTooManyBodies(t *testing.T) {
 			if 2+67*given+3*bare > roomForText {
 				want = api.ErrFull
 			}
-			if e := Check(changes(given, bare, given)); e != want {
+			if e := Check(room.Changes(given, bare, given)); e != want {
 				t.Errorf("Check of %d changes with bytes, and %d without: %d", given, bare, e)
 			}
 		}
 	}
 	for _, given := range []int{100, 255, 256, 257, 478, 479} {
-		if e := Check(changes(given, 479-given, given)); e != api.ErrFull {
+		if e := Check(room.Changes(given, 479-given, given)); e != api.ErrFull {
 			t.Errorf("Check of %d changes with bytes, and all others without: %d", given, e)
 		}
 	}
 }
 
-// faulty tells changes of which some of the four errors apply, mixed, which hang on seed beside that alone.
-func faulty(elsewhere, twice, torn, many bool, seed int) []api.Change {
-	l := changes(2, 3, seed)
-	if many {
-		l = changes(28, 3, seed)
-	}
-	if elsewhere {
-		at := wrongAts()[seed%len(wrongAts())]
-		l = append(l, []api.Change{{At: at}, full(at), {At: at, Data: make([]byte, 5)}}[seed%3])
-	}
-	if torn {
-		l[seed%len(l)].Data = make([]byte, 1+seed%63)
-	}
-	if twice {
-		l = append(l, l[seed%5])
-	}
-	mix(l, seed+1)
-	return l
-}
-
 func TestCheckTellsTheFirstError(t *testing.T) {
-	for seed := range 200 {
-		for set := range 16 {
-			l := faulty(set&1 != 0, set&2 != 0, set&4 != 0, set&8 != 0, seed)
-			want := api.OK
-			switch {
-			case set&1 != 0:
-				want = api.ErrRange
-			case set&2 != 0:
-				want = api.ErrTwice
-			case set&4 != 0:
-				want = api.ErrForm
-			case set&8 != 0:
-				want = api.ErrFull
-			}
-			if e := Check(l); e != want {
-				t.Errorf("Check of %d changes with the faults %04b: %d, want %d", len(l), set, e, want)
-			}
-			got, e := Put(table, l)
-			if e != want || want != api.OK && len(got) != 0 || want == api.OK && !room.Same(got, sectorsOf(l)) {
-				t.Errorf("Put of %d changes with the faults %04b: %d sectors, %d, want %d", len(l), set, len(got), e, want)
-			}
+	room.EachFaulty(func(l []api.Change, want api.Errno) {
+		if e := Check(l); e != want {
+			t.Errorf("Check of %v: %d, want %d", l, e, want)
 		}
-	}
+		got, e := Put(table, l)
+		if e != want || want != api.OK && len(got) != 0 || want == api.OK && !room.Same(got, room.ChangesSectors(l)) {
+			t.Errorf("Put of %v: %d sectors, %d, want %d", l, len(got), e, want)
+		}
+	})
 	twiceElsewhere := []api.Change{{At: 33}, {At: 33}}
 	twiceTorn := []api.Change{{At: 40, Data: []byte{1}}, {At: 40, Data: []byte{1}}}
 	if Check(twiceElsewhere) != api.ErrRange || Check(twiceTorn) != api.ErrTwice {
@@ -361,9 +219,9 @@ func TestPutOfKnownOnes(t *testing.T) {
 
 func TestPutOfWhatMayBe(t *testing.T) {
 	met := map[int]int{}
-	for _, l := range right() {
+	for _, l := range room.RightChanges() {
 		got, e := Put(table, l)
-		if e != api.OK || !room.Same(got, sectorsOf(l)) {
+		if e != api.OK || !room.Same(got, room.ChangesSectors(l)) {
 			t.Errorf("Put of %v: %v, %d", l, got, e)
 		}
 		met[len(got)]++
@@ -376,24 +234,19 @@ func TestPutOfWhatMayBe(t *testing.T) {
 // P18.2
 
 func TestGetOfSectorsByTheirWords(t *testing.T) {
-	for _, l := range right() {
-		if !gets(sectorsOf(l), l) {
+	for _, l := range room.RightChanges() {
+		if !gets(room.ChangesSectors(l), l) {
 			t.Errorf("Get of the sectors of %v tells others", l)
 		}
 	}
-}
-
-// someRight tells a few changes that may be, with 1 to 32 bodies.
-func someRight() [][]api.Change {
-	return [][]api.Change{nil, {{At: 34}}, {full(511)}, {full(0), {At: 511}, full(34)}, changes(1, 15, 1), changes(9, 30, 2), changes(0, 479, 3), changes(27, 15, 4)}
 }
 
 func TestGetOfFewerSectors(t *testing.T) {
 	if !getsNot(nil) || !getsNot([][]byte{}) {
 		t.Error("Get of no sectors tells something")
 	}
-	for _, l := range right() {
-		all := sectorsOf(l)
+	for _, l := range room.RightChanges() {
+		all := room.ChangesSectors(l)
 		for n := range all {
 			if !getsNot(all[:n]) || !getsNot(all[:n:n]) || !getsNot(all[n+1:]) { // the first one has what lacks as spare room
 				t.Fatalf("Get of %d of the %d sectors of %v tells something", n, len(all), l)
@@ -411,8 +264,8 @@ func noSectors() [][]byte {
 }
 
 func TestGetOfOthersForASector(t *testing.T) {
-	for _, l := range someRight() {
-		all := sectorsOf(l)
+	for _, l := range room.FewChanges() {
+		all := room.ChangesSectors(l)
 		for k, own := range all {
 			b := bytes.Clone(own)
 			others := append(noSectors(), b[:63], b[:60], b[:1], b[1:], append(b[:64:64], 0), append([]byte{0}, b...), slices.Concat(b, b))
@@ -436,8 +289,8 @@ func TestGetOfOthersForASector(t *testing.T) {
 }
 
 func TestGetOfSectorsInAnotherOrder(t *testing.T) {
-	for _, l := range someRight() {
-		all := sectorsOf(l)
+	for _, l := range room.FewChanges() {
+		all := room.ChangesSectors(l)
 		for a := range all {
 			for b := range a {
 				all[a], all[b] = all[b], all[a]
@@ -460,7 +313,7 @@ func TestGetOfSectorsInAnotherOrder(t *testing.T) {
 
 func TestGetWhenBitsTurn(t *testing.T) {
 	l := []api.Change{{At: 34}}
-	all := sectorsOf(l)
+	all := room.ChangesSectors(l)
 	for k, own := range all {
 		room.EachTurn(own, func(turned []byte, bit int, mask uint64) {
 			all[k] = turned
@@ -473,8 +326,8 @@ func TestGetWhenBitsTurn(t *testing.T) {
 }
 
 func TestGetWhenABitTurns(t *testing.T) {
-	for _, l := range someRight() {
-		all := sectorsOf(l)
+	for _, l := range room.FewChanges() {
+		all := room.ChangesSectors(l)
 		step := 1 + len(all)/8 // of many sectors not all bits, as they are too slow
 		for k, own := range all {
 			for bit := k % step; bit < 512; bit += step {
@@ -492,9 +345,9 @@ func TestGetWhenABitTurns(t *testing.T) {
 var turns = []byte{1, 2, 3, 4, 8, 16, 32, 64, 128, 255}
 
 func TestGetOfAnotherHead(t *testing.T) {
-	for _, l := range someRight() {
-		payloads := payloadsOf(textOf(l))
-		all := sealed(payloads)
+	for _, l := range room.FewChanges() {
+		payloads := room.TextPayloads(room.ChangesText(l))
+		all := room.AllSealed(payloads)
 		for place := range 60 {
 			for _, more := range turns {
 				head := filled(payloads[0])
@@ -509,19 +362,19 @@ func TestGetOfAnotherHead(t *testing.T) {
 }
 
 func TestGetOfAHeadWithTheSumLowestFirst(t *testing.T) {
-	for _, l := range right() {
-		payloads := payloadsOf(textOf(l))
+	for _, l := range room.RightChanges() {
+		payloads := room.TextPayloads(room.ChangesText(l))
 		slices.Reverse(payloads[0][4:])
-		if !getsNot(sealed(payloads)) {
+		if !getsNot(room.AllSealed(payloads)) {
 			t.Errorf("Get of the sectors of %v with the sum's lowest byte first tells something", l)
 		}
 	}
 }
 
 func TestGetOfABodyOfAnotherKindOrNumber(t *testing.T) {
-	for _, l := range someRight() {
-		payloads := payloadsOf(textOf(l))
-		all := sealed(payloads)
+	for _, l := range room.FewChanges() {
+		payloads := room.TextPayloads(room.ChangesText(l))
+		all := room.AllSealed(payloads)
 		for k := 1; k < len(all); k++ {
 			for place := range 2 {
 				for _, more := range turns {
@@ -539,9 +392,9 @@ func TestGetOfABodyOfAnotherKindOrNumber(t *testing.T) {
 }
 
 func TestGetOfABodyFilledUpWithOthers(t *testing.T) {
-	for _, l := range right() {
-		payloads := payloadsOf(textOf(l))
-		all := sealed(payloads)
+	for _, l := range room.RightChanges() {
+		payloads := room.TextPayloads(room.ChangesText(l))
+		all := room.AllSealed(payloads)
 		last := len(all) - 1
 		for place := len(payloads[last]); place < 60; place++ {
 			for _, more := range []byte{1, 98, 128, 255} {
@@ -557,13 +410,13 @@ func TestGetOfABodyFilledUpWithOthers(t *testing.T) {
 }
 
 func TestGetOfATextWithAnotherSum(t *testing.T) {
-	for _, l := range [][]api.Change{{{At: 0}}, {full(34)}, changes(3, 2, 1)} {
-		payloads := payloadsOf(textOf(l))
+	for _, l := range [][]api.Change{{{At: 0}}, {room.FullChange(34)}, room.Changes(3, 2, 1)} {
+		payloads := room.TextPayloads(room.ChangesText(l))
 		for k := 1; k < len(payloads); k++ {
 			for place := 2; place < len(payloads[k]); place++ {
 				for _, more := range []byte{1, 2, 64, 255} {
 					payloads[k][place] ^= more
-					if !getsNot(sealed(payloads)) {
+					if !getsNot(room.AllSealed(payloads)) {
 						t.Errorf("Get of the sectors of %v with another byte at place %d of body %d", l, place, k-1)
 					}
 					payloads[k][place] ^= more
@@ -576,10 +429,10 @@ func TestGetOfATextWithAnotherSum(t *testing.T) {
 func TestGetOfAnySectorsBytes(t *testing.T) {
 	for place := range 64 {
 		for b := range 256 {
-			c := full(40)
+			c := room.FullChange(40)
 			c.Data[place] = byte(b)
-			l := []api.Change{{At: 0}, c, full(41)}
-			if !gets(sectorsOf(l), l) {
+			l := []api.Change{{At: 0}, c, room.FullChange(41)}
+			if !gets(room.ChangesSectors(l), l) {
 				t.Errorf("Get of the sectors of %v tells others", l)
 			}
 		}
@@ -602,10 +455,10 @@ func textsOfNone() [][]byte {
 		}
 	}
 	for _, at := range []int{1, 2, 32, 33, 512, 513, 545, 1024, 1 << 15, 1<<16 - 1} {
-		all = append(all, textOf([]api.Change{{At: at}}), textOf([]api.Change{{At: 34}, full(at)}), textOf([]api.Change{{At: at}, {At: 0}}))
+		all = append(all, room.ChangesText([]api.Change{{At: at}}), room.ChangesText([]api.Change{{At: 34}, room.FullChange(at)}), room.ChangesText([]api.Change{{At: at}, {At: 0}}))
 	}
-	for _, l := range someRight() {
-		text := textOf(l)
+	for _, l := range room.FewChanges() {
+		text := room.ChangesText(l)
 		for n := range text {
 			all = append(all, text[:n])
 		}
@@ -619,15 +472,15 @@ func textsOfNone() [][]byte {
 			}
 		}
 	}
-	for _, l := range [][]api.Change{changes(28, 0, 1), changes(27, 16, 1), changes(27, 50, 1), changes(40, 3, 1), changes(200, 1, 1)} { // they have more than 32 bodies
-		all = append(all, textOf(l))
+	for _, l := range [][]api.Change{room.Changes(28, 0, 1), room.Changes(27, 16, 1), room.Changes(27, 50, 1), room.Changes(40, 3, 1), room.Changes(200, 1, 1)} { // they have more than 32 bodies
+		all = append(all, room.ChangesText(l))
 	}
 	return all
 }
 
 func TestGetOfTextsThatAreNoChanges(t *testing.T) {
 	for _, text := range textsOfNone() {
-		all := sealed(payloadsOf(text))
+		all := room.AllSealed(room.TextPayloads(text))
 		if !getsNot(all) || !getsNot(append(all, room.Sealed([]byte{98, byte(len(all))}), nil)) {
 			t.Errorf("Get of the sectors of the text %v tells something", text)
 		}
@@ -635,15 +488,15 @@ func TestGetOfTextsThatAreNoChanges(t *testing.T) {
 }
 
 func TestGetOfMoreBodiesThanTheTextHas(t *testing.T) {
-	for _, l := range right() {
-		payloads := payloadsOf(textOf(l))
+	for _, l := range room.RightChanges() {
+		payloads := room.TextPayloads(room.ChangesText(l))
 		n := len(payloads)
 		payloads[0][1] = byte(n)
-		if all := sealed(append(payloads, []byte{98, byte(n - 1)})); !getsNot(all) || !getsNot(all[:n]) {
+		if all := room.AllSealed(append(payloads, []byte{98, byte(n - 1)})); !getsNot(all) || !getsNot(all[:n]) {
 			t.Errorf("Get of the sectors of %v, and one body more, tells something", l)
 		}
 		payloads[0][1] = byte(n - 2)
-		if all := sealed(payloads); !getsNot(all) || !getsNot(all[:n-1]) {
+		if all := room.AllSealed(payloads); !getsNot(all) || !getsNot(all[:n-1]) {
 			t.Errorf("Get of the sectors of %v with a head of one body less tells something", l)
 		}
 	}
@@ -684,7 +537,7 @@ func byWords(sectors [][]byte) ([]api.Change, bool) {
 		}
 		text = append(text, payload[2:]...)
 	}
-	if text = text[:size]; !room.Same(sealed(payloadsOf(text)), sectors[:1+n]) {
+	if text = text[:size]; !room.Same(room.AllSealed(room.TextPayloads(text)), sectors[:1+n]) {
 		return nil, false
 	}
 	return changesIn(text)
@@ -714,7 +567,7 @@ func changesIn(text []byte) ([]api.Change, bool) {
 // mixed tells the sectors of changes some of which are changed, and sealed anew, mostly so that the text's sum is right; all of it hangs on seed alone.
 func mixed(seed int) [][]byte {
 	b := room.Some(40, seed)
-	text := textOf(changes(int(b[0]%4), int(b[1]%30), seed))
+	text := room.ChangesText(room.Changes(int(b[0]%4), int(b[1]%30), seed))
 	for k := range int(b[2] % 3) {
 		place := int(b[3+k]) % len(text)
 		if k == 1 {
@@ -725,12 +578,12 @@ func mixed(seed int) [][]byte {
 	if b[9]%8 == 0 {
 		text = text[:int(b[10])%len(text)]
 	}
-	payloads := payloadsOf(text)
+	payloads := room.TextPayloads(text)
 	if b[11]%4 == 0 {
 		k := int(b[12]) % len(payloads)
 		payloads[k][int(b[13])%len(payloads[k])] ^= b[14] >> (b[15] % 8)
 	}
-	all := sealed(payloads)
+	all := room.AllSealed(payloads)
 	if b[16]%8 == 0 {
 		k := int(b[17]) % len(all)
 		all = slices.Delete(all, k, k+1)
@@ -757,11 +610,11 @@ func TestGetOfMixedSectors(t *testing.T) {
 
 // behind tells what may stand behind sectors, lists of lists.
 func behind() [][][]byte {
-	return [][][]byte{nil, {nil}, {{}}, noSectors(), sectorsOf(nil), sectorsOf([]api.Change{full(34)}), sectorsOf(changes(27, 15, 1))[1:], {make([]byte, 1<<16)}, make([][]byte, 1000), room.Lists(60, 64, 1), {room.Sealed([]byte{98, 1}), room.Sealed([]byte{98, 2})}}
+	return [][][]byte{nil, {nil}, {{}}, noSectors(), room.ChangesSectors(nil), room.ChangesSectors([]api.Change{room.FullChange(34)}), room.ChangesSectors(room.Changes(27, 15, 1))[1:], {make([]byte, 1<<16)}, make([][]byte, 1000), room.Lists(60, 64, 1), {room.Sealed([]byte{98, 1}), room.Sealed([]byte{98, 2})}}
 }
 
 func TestGetOfPut(t *testing.T) {
-	for _, l := range right() {
+	for _, l := range room.RightChanges() {
 		sectors, _ := Put(table, l)
 		if !gets(sectors, l) {
 			t.Errorf("Get of Put of %v tells others", l)
@@ -774,7 +627,7 @@ func TestGetOfPut(t *testing.T) {
 	}
 	for seed := range 3000 {
 		b := room.Some(3, seed)
-		l := changes(int(b[0]%28), int(b[1]%16), seed)
+		l := room.Changes(int(b[0]%28), int(b[1]%16), seed)
 		sectors, e := Put(table, l)
 		if e != api.OK || !gets(append(sectors, room.Some(int(b[2]%66), seed)), l) {
 			t.Errorf("Get of Put of %v, and a list behind, tells others", l)
@@ -784,10 +637,10 @@ func TestGetOfPut(t *testing.T) {
 
 func TestOtherChangesHaveOtherSectors(t *testing.T) {
 	met := map[string][]api.Change{}
-	for _, l := range right() {
+	for _, l := range room.RightChanges() {
 		sectors, _ := Put(table, l)
 		key := string(bytes.Join(sectors, nil))
-		if other, is := met[key]; is && !same(l, other) {
+		if other, is := met[key]; is && !room.SameChanges(l, other) {
 			t.Errorf("Put of %v and of %v: the same sectors", l, other)
 		}
 		met[key] = l
@@ -796,39 +649,20 @@ func TestOtherChangesHaveOtherSectors(t *testing.T) {
 
 // The rules that hold everywhere, of each call.
 
-// marked tells changes with marked spare room behind each one's bytes, and behind the list, and what tells whether all of that is as it was.
-func marked(l []api.Change) ([]api.Change, func() bool) {
-	whole := slices.Concat(l, changes(1, 1, 1))
-	var rows [][]byte
-	for _, c := range whole {
-		rows = append(rows, c.Data)
-	}
-	lists, unchanged := room.Rows(rows...)
-	for k := range whole {
-		whole[k].Data = lists[k]
-	}
-	before := slices.Clone(whole)
-	return whole[:len(l)], func() bool {
-		return unchanged() && slices.EqualFunc(whole, before, func(c, d api.Change) bool {
-			return c.At == d.At && len(c.Data) == len(d.Data) && &c.Data[:1][0] == &d.Data[:1][0]
-		})
-	}
-}
-
 func TestWhatIsHandedInIsNotChanged(t *testing.T) {
 	before := *table
-	lists := append(right(), changes(28, 0, 1), changes(200, 100, 1), []api.Change{{At: 33}}, []api.Change{{At: 0}, {At: 0}}, []api.Change{{At: 40, Data: []byte{1}}})
+	lists := append(room.RightChanges(), room.Changes(28, 0, 1), room.Changes(200, 100, 1), []api.Change{{At: 33}}, []api.Change{{At: 0}, {At: 0}}, []api.Change{{At: 40, Data: []byte{1}}})
 	for _, l := range lists {
-		list, unchanged := marked(l)
+		list, unchanged := room.MarkedChanges(l)
 		Check(list)
 		Put(table, list)
 		if !unchanged() {
 			t.Errorf("%v, or its spare room, was changed", l)
 		}
 	}
-	for _, l := range right() {
+	for _, l := range room.RightChanges() {
 		for _, more := range behind() {
-			sectors, unchanged := room.Rows(append(sectorsOf(l), more...)...)
+			sectors, unchanged := room.Rows(append(room.ChangesSectors(l), more...)...)
 			Get(table, sectors)
 			Get(table, sectors[:len(sectors)/2])
 			if !unchanged() {
@@ -842,8 +676,8 @@ func TestWhatIsHandedInIsNotChanged(t *testing.T) {
 }
 
 func TestAnswersShareNoMemory(t *testing.T) {
-	for _, l := range someRight() {
-		list, _ := marked(l)
+	for _, l := range room.FewChanges() {
+		list, _ := room.MarkedChanges(l)
 		first, _ := Put(table, list)
 		second, _ := Put(table, list)
 		one, _ := Get(table, first)
@@ -855,7 +689,7 @@ func TestAnswersShareNoMemory(t *testing.T) {
 		if k := room.Shared(all...); k >= 0 {
 			t.Errorf("of %v: list %d shares memory with one ahead of it", l, k)
 		}
-		if got, e := Put(table, l); e != api.OK || !room.Same(got, sectorsOf(l)) {
+		if got, e := Put(table, l); e != api.OK || !room.Same(got, room.ChangesSectors(l)) {
 			t.Errorf("Put of %v, when those of before were written over: %v, %d", l, got, e)
 		}
 	}
@@ -863,7 +697,7 @@ func TestAnswersShareNoMemory(t *testing.T) {
 
 func TestAnswersHangOnArgumentsAlone(t *testing.T) {
 	other := crc.New()
-	for _, l := range right() {
+	for _, l := range room.RightChanges() {
 		sectors, e := Put(table, l)
 		again, same := Put(other, l)
 		if e != same || !room.Same(sectors, again) {
@@ -877,11 +711,11 @@ func TestAnswersHangOnArgumentsAlone(t *testing.T) {
 }
 
 func TestNothingIsSealedWithoutATable(t *testing.T) {
-	for _, l := range append(right(), changes(28, 0, 1), []api.Change{{At: 33}}, []api.Change{{At: 0}, {At: 0}}, []api.Change{{At: 40, Data: []byte{1}}}) {
+	for _, l := range append(room.RightChanges(), room.Changes(28, 0, 1), []api.Change{{At: 33}}, []api.Change{{At: 0}, {At: 0}}, []api.Change{{At: 40, Data: []byte{1}}}) {
 		if got, e := Put(nil, l); len(got) != 0 || e != Check(l) {
 			t.Errorf("Put of %v without a table: %v, %d", l, got, e)
 		}
-		if got, ok := Get(nil, sectorsOf(l)); ok || len(got) != 0 {
+		if got, ok := Get(nil, room.ChangesSectors(l)); ok || len(got) != 0 {
 			t.Errorf("Get of the sectors of %v without a table: %v", l, got)
 		}
 	}
@@ -893,9 +727,9 @@ func TestNothingIsSealedWithoutATable(t *testing.T) {
 }
 
 func TestNoCallPanicsWithATableThatNewDidNotMake(t *testing.T) {
-	for _, l := range right() {
+	for _, l := range room.RightChanges() {
 		sectors, _ := Put(&crc.Table{}, l)
 		Get(&crc.Table{}, sectors)
-		Get(&crc.Table{}, sectorsOf(l))
+		Get(&crc.Table{}, room.ChangesSectors(l))
 	}
 }

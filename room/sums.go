@@ -26,3 +26,12 @@ func Sealed(payload []byte) []byte {
 	sum := Sum(ahead)
 	return append(ahead, byte(sum), byte(sum>>8), byte(sum>>16), byte(sum>>24))
 }
+
+// AllSealed tells the sealed sectors of payloads.
+func AllSealed(payloads [][]byte) [][]byte {
+	var all [][]byte
+	for _, payload := range payloads {
+		all = append(all, Sealed(payload))
+	}
+	return all
+}

@@ -188,11 +188,6 @@ func TestCheckOfVeryManyChanges(t *testing.T) {
 	}
 }
 
-// filled tells bytes, bytes 0 behind them up to the sixtieth, and a sum.
-func filled(begin []byte, sum ...byte) []byte {
-	return slices.Concat(begin, make([]byte, 60-len(begin)), sum)
-}
-
 func TestPutOfKnownOnes(t *testing.T) {
 	rising := make([]byte, 64)
 	for k := range rising {
@@ -202,13 +197,13 @@ func TestPutOfKnownOnes(t *testing.T) {
 		l    []api.Change
 		want [][]byte
 	}{
-		{nil, [][]byte{filled([]byte{106, 1, 0, 2, 65, 217, 18, 255}, 150, 159, 240, 224), filled([]byte{98}, 205, 114, 12, 16)}},
-		{[]api.Change{{At: 34}}, [][]byte{filled([]byte{106, 1, 0, 5, 217, 44, 214, 88}, 185, 20, 56, 217), filled([]byte{98, 0, 0, 1, 0, 34, 0}, 15, 177, 241, 215)}},
-		{[]api.Change{{At: 511}, {At: 0}}, [][]byte{filled([]byte{106, 1, 0, 8, 243, 133, 218, 105}, 193, 39, 131, 233), filled([]byte{98, 0, 0, 2, 1, 255, 0, 0, 0, 0}, 176, 51, 81, 34)}},
+		{nil, [][]byte{room.Filled([]byte{106, 1, 0, 2, 65, 217, 18, 255}, 150, 159, 240, 224), room.Filled([]byte{98}, 205, 114, 12, 16)}},
+		{[]api.Change{{At: 34}}, [][]byte{room.Filled([]byte{106, 1, 0, 5, 217, 44, 214, 88}, 185, 20, 56, 217), room.Filled([]byte{98, 0, 0, 1, 0, 34, 0}, 15, 177, 241, 215)}},
+		{[]api.Change{{At: 511}, {At: 0}}, [][]byte{room.Filled([]byte{106, 1, 0, 8, 243, 133, 218, 105}, 193, 39, 131, 233), room.Filled([]byte{98, 0, 0, 2, 1, 255, 0, 0, 0, 0}, 176, 51, 81, 34)}},
 		{[]api.Change{{At: 40, Data: rising}}, [][]byte{
-			filled([]byte{106, 2, 0, 69, 83, 134, 106, 31}, 16, 83, 210, 20),
-			filled(append([]byte{98, 0, 0, 1, 0, 40, 1}, rising[:53]...), 243, 84, 50, 4),
-			filled(append([]byte{98, 1}, rising[53:]...), 2, 109, 234, 8),
+			room.Filled([]byte{106, 2, 0, 69, 83, 134, 106, 31}, 16, 83, 210, 20),
+			room.Filled(append([]byte{98, 0, 0, 1, 0, 40, 1}, rising[:53]...), 243, 84, 50, 4),
+			room.Filled(append([]byte{98, 1}, rising[53:]...), 2, 109, 234, 8),
 		}},
 	} {
 		if got, e := Put(table, test.l); e != api.OK || !room.Same(got, test.want) {
@@ -258,17 +253,12 @@ func TestGetOfFewerSectors(t *testing.T) {
 	}
 }
 
-// noSectors are lists that are no sector, and sectors that are not of a journal.
-func noSectors() [][]byte {
-	return [][]byte{nil, {}, {0}, {106}, {98}, make([]byte, 63), make([]byte, 64), make([]byte, 65), bytes.Repeat([]byte{255}, 64), room.Some(64, 1), room.Sealed(nil), room.Sealed([]byte{106}), room.Sealed([]byte{98}), room.Sealed([]byte{83, 1}), room.Some(1000, 1)}
-}
-
 func TestGetOfOthersForASector(t *testing.T) {
 	for _, l := range room.FewChanges() {
 		all := room.ChangesSectors(l)
 		for k, own := range all {
 			b := bytes.Clone(own)
-			others := append(noSectors(), b[:63], b[:60], b[:1], b[1:], append(b[:64:64], 0), append([]byte{0}, b...), slices.Concat(b, b))
+			others := append(room.NoSectors(), b[:63], b[:60], b[:1], b[1:], append(b[:64:64], 0), append([]byte{0}, b...), slices.Concat(b, b))
 			for n := range all {
 				if n != k {
 					others = append(others, bytes.Clone(all[n]))
@@ -303,7 +293,7 @@ func TestGetOfSectorsInAnotherOrder(t *testing.T) {
 				t.Errorf("Get of the sectors of %v, %d twice, tells something", l, a)
 			}
 		}
-		for _, other := range noSectors() {
+		for _, other := range room.NoSectors() {
 			if !getsNot(slices.Insert(slices.Clone(all), 0, other)) {
 				t.Errorf("Get of %v, and behind it the sectors of %v, tells something", other, l)
 			}
@@ -350,7 +340,7 @@ func TestGetOfAnotherHead(t *testing.T) {
 		all := room.AllSealed(payloads)
 		for place := range 60 {
 			for _, more := range turns {
-				head := filled(payloads[0])
+				head := room.Filled(payloads[0])
 				head[place] ^= more
 				all[0] = room.Sealed(head)
 				if !getsNot(all) {
@@ -398,7 +388,7 @@ func TestGetOfABodyFilledUpWithOthers(t *testing.T) {
 		last := len(all) - 1
 		for place := len(payloads[last]); place < 60; place++ {
 			for _, more := range []byte{1, 98, 128, 255} {
-				body := filled(payloads[last])
+				body := room.Filled(payloads[last])
 				body[place] = more
 				all[last] = room.Sealed(body)
 				if !getsNot(all) {
@@ -610,7 +600,7 @@ func TestGetOfMixedSectors(t *testing.T) {
 
 // behind tells what may stand behind sectors, lists of lists.
 func behind() [][][]byte {
-	return [][][]byte{nil, {nil}, {{}}, noSectors(), room.ChangesSectors(nil), room.ChangesSectors([]api.Change{room.FullChange(34)}), room.ChangesSectors(room.Changes(27, 15, 1))[1:], {make([]byte, 1<<16)}, make([][]byte, 1000), room.Lists(60, 64, 1), {room.Sealed([]byte{98, 1}), room.Sealed([]byte{98, 2})}}
+	return [][][]byte{nil, {nil}, {{}}, room.NoSectors(), room.ChangesSectors(nil), room.ChangesSectors([]api.Change{room.FullChange(34)}), room.ChangesSectors(room.Changes(27, 15, 1))[1:], {make([]byte, 1<<16)}, make([][]byte, 1000), room.Lists(60, 64, 1), {room.Sealed([]byte{98, 1}), room.Sealed([]byte{98, 2})}}
 }
 
 func TestGetOfPut(t *testing.T) {

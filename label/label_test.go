@@ -18,34 +18,15 @@ const longest = "abcdefghijklmnop"
 // isName tells whether a text is a name, by the document's words.
 var isName = regexp.MustCompile(`\A[a-z0-9][a-z0-9-]{0,15}\z`).MatchString
 
-// names are some, of all lengths, with all bytes that may stand in them.
-func names() []string {
-	all := []string{"a", "z", "0", "9", "a-", "0-", "a--", "ab", "a-b", "a1", "1a", "0-z", "z9-", "pot", "q-----------", "a---------------", "9999999999999999", "zzzzzzzzzzzzzzzz", longest}
-	for n := 1; n <= 16; n++ {
-		all = append(all, strings.Repeat("k", n), longest[:n], "0123456789-xyz-a"[:n])
-	}
-	return all
-}
-
-// others are texts that are no names.
-func others() []string {
-	all := []string{"", "-", "--", "-a", "-0", "a_", "_", "A", "Ab", "aB", "Z", "a b", " a", "a ", "a\n", "\na", "a.", "a/b", "a\x00", "\x00", "\x00\x00", "\x01a", "a\x00b", "ä", "aä", "ａ", "ı", "a\x80", "\xff", "a\xff", "`", "{", "a`", "a{", "/", ":", "a/", "a:", "a,", "a.b",
-		"abcdefghijklmnopq", "-bcdefghijklmnop", "abcdefghijklmno_", "abcdefghijklmno\x00", "abcdefghijklmn\xc3\xa4", longest + "\x00", longest + longest}
-	for _, n := range []int{17, 18, 31, 255, 256, 257, 258, 272, 273, 511, 512, 513, 65537} {
-		all = append(all, strings.Repeat("a", n))
-	}
-	return all
-}
-
 // P7.1
 
 func TestRightOfKnownTexts(t *testing.T) {
-	for _, s := range names() {
+	for _, s := range room.Names() {
 		if !Right(s) {
 			t.Errorf("Right of the name %q", s)
 		}
 	}
-	for _, s := range others() {
+	for _, s := range room.WrongNames() {
 		if Right(s) {
 			t.Errorf("Right of %q, which is no name", s)
 		}
@@ -105,8 +86,8 @@ func TestLessOfManyTexts(t *testing.T) {
 	for n := range 40 {
 		all = append(all, string(room.Some(n%5, n)), strings.Repeat("a", n), strings.Repeat("a", n)+"\xff", strings.Repeat("a", n)+"-")
 	}
-	all = append(all, names()...)
-	all = append(all, others()...)
+	all = append(all, room.Names()...)
+	all = append(all, room.WrongNames()...)
 	for _, a := range all {
 		for _, b := range all {
 			if got := Less(a, b); got != less(a, b) || got != (bytes.Compare([]byte(a), []byte(b)) < 0) {
@@ -168,7 +149,7 @@ func TestMergeOfManyLists(t *testing.T) {
 		for k := range count {
 			var list []string
 			for _, b := range room.Some(count*k%23, count*31+k) {
-				list = append(list, names()[int(b)%len(names())], string([]byte{b % 8}))
+				list = append(list, room.Names()[int(b)%len(room.Names())], string([]byte{b % 8}))
 			}
 			lists = append(lists, list)
 		}
@@ -221,7 +202,7 @@ func TestAfterOfKnownTexts(t *testing.T) {
 }
 
 func TestAfterOfAllPlaces(t *testing.T) {
-	l := merged([][]string{names(), others(), {"\x00", "\xff", "-"}})
+	l := merged([][]string{room.Names(), room.WrongNames(), {"\x00", "\xff", "-"}})
 	mosts := []int{math.MinInt, math.MinInt + 1, math.MinInt32, -256, -2, -1, math.MaxInt32, math.MaxInt32 + 1, math.MaxInt - 1, math.MaxInt}
 	for most := range len(l) + 3 {
 		mosts = append(mosts, most)
@@ -244,7 +225,7 @@ func TestAfterOfAllPlaces(t *testing.T) {
 }
 
 func TestPageByPageAllTextsAreMet(t *testing.T) {
-	l := merged([][]string{names()})
+	l := merged([][]string{room.Names()})
 	for most := 1; most <= len(l)+1; most++ {
 		var met []string
 		last, all := "", false
@@ -299,7 +280,7 @@ func TestPutOfKnownTexts(t *testing.T) {
 			t.Errorf("Put of %q: %v, want %v", s, got, []byte(want))
 		}
 	}
-	for _, s := range slices.Concat(names(), others()) {
+	for _, s := range slices.Concat(room.Names(), room.WrongNames()) {
 		if got, want := put(s), putBytes(s); !bytes.Equal(got, want) {
 			t.Errorf("Put of %q: %v, want %v", s, got, want)
 		}
@@ -309,7 +290,7 @@ func TestPutOfKnownTexts(t *testing.T) {
 func TestPutIsBehindWhatWasWritten(t *testing.T) {
 	var w pack.Writer
 	var want []byte
-	for k, s := range slices.Concat(names(), others()) {
+	for k, s := range slices.Concat(room.Names(), room.WrongNames()) {
 		w.Num(2, k)
 		Put(&w, s)
 		want = slices.Concat(want, []byte{byte(k >> 8), byte(k)}, putBytes(s))
@@ -320,13 +301,13 @@ func TestPutIsBehindWhatWasWritten(t *testing.T) {
 }
 
 func TestGetOfPutIsTheName(t *testing.T) {
-	for _, s := range names() {
+	for _, s := range room.Names() {
 		r := pack.Read(put(s))
 		if got, ok := Get(r); got != s || !ok || !r.Done() {
 			t.Errorf("Get of Put of %q: %q, %v", s, got, ok)
 		}
 	}
-	for _, s := range others() {
+	for _, s := range room.WrongNames() {
 		r := pack.Read(put(s))
 		if got, ok := Get(r); got != "" || ok || !r.Done() {
 			t.Errorf("Get of Put of %q, which is no name: %q, %v", s, got, ok)
@@ -336,7 +317,7 @@ func TestGetOfPutIsTheName(t *testing.T) {
 
 func TestGetOfNamesOneBehindTheOther(t *testing.T) {
 	var w pack.Writer
-	all := slices.Concat(names(), others(), names())
+	all := slices.Concat(room.Names(), room.WrongNames(), room.Names())
 	for k, s := range all {
 		Put(&w, s)
 		w.Num(1, k)
@@ -407,7 +388,7 @@ func TestGetOfBytesThatPutDoesNotWrite(t *testing.T) {
 }
 
 func TestGetOfBytesThatAreLacking(t *testing.T) {
-	for _, s := range names() {
+	for _, s := range room.Names() {
 		whole := putBytes(s)
 		for n := range 17 {
 			r := pack.Read(whole[:n])
@@ -434,7 +415,7 @@ func TestGetOfBytesThatAreLacking(t *testing.T) {
 // The rules that hold everywhere, of each call.
 
 func TestNilAndZeroReadersAndWriters(t *testing.T) {
-	for _, s := range slices.Concat(names(), others()) {
+	for _, s := range slices.Concat(room.Names(), room.WrongNames()) {
 		Put(nil, s)
 	}
 	for name, r := range map[string]*pack.Reader{"nil": nil, "zero": {}} {
@@ -515,7 +496,7 @@ func TestTheSpareRoomOfListsOfTextsIsNotRead(t *testing.T) {
 }
 
 func TestTheSameCallsAnswerTheSame(t *testing.T) {
-	lists := [][]string{names(), others(), {"\x00", "q"}}
+	lists := [][]string{room.Names(), room.WrongNames(), {"\x00", "q"}}
 	first := Merge(lists...)
 	for turn := range 50 {
 		if got := Merge(lists...); !slices.Equal(got, first) {
@@ -525,7 +506,7 @@ func TestTheSameCallsAnswerTheSame(t *testing.T) {
 }
 
 func TestNoCallOfAfterPanicsOfTextsThatDoNotRise(t *testing.T) {
-	for _, l := range [][]string{{"c", "b", "a"}, {"a", "a"}, others(), names()} {
+	for _, l := range [][]string{{"c", "b", "a"}, {"a", "a"}, room.WrongNames(), room.Names()} {
 		for _, s := range []string{"", "a", "b", "\xff"} {
 			for _, most := range []int{math.MinInt, -1, 0, 1, 2, math.MaxInt} {
 				After(l, s, most)

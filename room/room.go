@@ -1,4 +1,4 @@
-// Package room is for the tests of all layers: lists to hand in, whether they were changed, their spare room too, whether lists are alike, or share memory; plans that may be and that may not be, custodians in some order, numbers of no custodian, sizes of blobs, and numbers of stripes; lists some of whose bits are turned; changes of sectors that may be and that may not be; arithmetic of bytes, sums, sealed sectors and the sectors of changes by their words.
+// Package room is for the tests of all layers: lists to hand in, whether they were changed, their spare room too, whether lists are alike, or share memory; plans that may be and that may not be, custodians in some order, numbers of no custodian, sizes of blobs, and numbers of stripes; names and texts that are none, numbers that have room in four bytes and that have not; lists some of whose bits are turned; changes of sectors that may be and that may not be, lists that are no sectors; arithmetic of bytes, sums, sealed sectors and the sectors of changes by their words.
 package room
 
 import (

@@ -1,6 +1,7 @@
 package room
 
 import (
+	"bytes"
 	"math"
 	"slices"
 
@@ -20,9 +21,14 @@ func Sum(b []byte) uint32 {
 	return rest ^ math.MaxUint32
 }
 
+// Filled tells bytes, bytes 0 behind them up to the sixtieth, and a sum.
+func Filled(payload []byte, sum ...byte) []byte {
+	return slices.Concat(payload, make([]byte, api.Payload-len(payload)), sum)
+}
+
 // Sealed tells a sealed sector by its words: a payload, bytes 0 up to the sixtieth, and their sum, the lowest byte first.
 func Sealed(payload []byte) []byte {
-	ahead := slices.Concat(payload, make([]byte, api.Payload-len(payload)))
+	ahead := Filled(payload)
 	sum := Sum(ahead)
 	return append(ahead, byte(sum), byte(sum>>8), byte(sum>>16), byte(sum>>24))
 }
@@ -34,4 +40,9 @@ func AllSealed(payloads [][]byte) [][]byte {
 		all = append(all, Sealed(payload))
 	}
 	return all
+}
+
+// NoSectors tells lists that are no sector, clear ones and others that are not sealed, and sealed ones that say nothing.
+func NoSectors() [][]byte {
+	return [][]byte{nil, {}, {0}, {106}, {98}, {72}, {66}, make([]byte, 63), make([]byte, 64), make([]byte, 65), bytes.Repeat([]byte{255}, 64), Some(64, 1), Sealed(nil), Sealed([]byte{106}), Sealed([]byte{98}), Sealed([]byte{83, 1}), Sealed([]byte{72}), Sealed([]byte{66}), Some(1000, 1)}
 }

@@ -33,3 +33,33 @@ func TestSealed(t *testing.T) {
 		}
 	}
 }
+
+func TestFilled(t *testing.T) {
+	for n := range 61 {
+		for _, sum := range [][]byte{nil, {1, 2, 3, 4}} {
+			payload, unchanged := Of(Some(n, n)...)
+			got := Filled(payload, sum...)
+			if !bytes.Equal(got, slices.Concat(Some(n, n), make([]byte, 60-n), sum)) || !unchanged() || Shared(payload, got) != -1 {
+				t.Errorf("Filled of %d bytes, and the sum %v: %v, or not one of its own", n, sum, got)
+			}
+		}
+	}
+}
+
+func TestNoSectors(t *testing.T) {
+	met := map[int]int{}
+	for _, b := range NoSectors() {
+		met[len(b)]++
+		if len(b) == 64 && bytes.Equal(b, Sealed(b[:60])) && (!bytes.Equal(b, Filled(b[:2], b[60:]...))) {
+			t.Errorf("NoSectors: %v is sealed, and says something", b)
+		}
+	}
+	for _, n := range []int{0, 1, 63, 64, 65} {
+		if met[n] == 0 {
+			t.Errorf("NoSectors: none of %d bytes", n)
+		}
+	}
+	if met[64] < 5 {
+		t.Errorf("NoSectors: %d of 64 bytes", met[64])
+	}
+}

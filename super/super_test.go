@@ -50,22 +50,11 @@ func sectorOf(s api.Super) []byte {
 	return room.Sealed(payload(83, byte(s.State), uint32(s.Fence), uint32(s.Dealt)))
 }
 
-// ballots are numbers that Fence and Dealt may be: the least and the greatest ones, those about where one more byte begins, and such all of whose bytes are unlike.
-func ballots() []int {
-	return []int{0, 1, 2, 3, 127, 128, 255, 256, 257, 258, 1<<16 - 1, 1 << 16, 1<<16 + 1, 1<<24 - 1, 1 << 24, 1<<24 + 1, 0x01020304, 0x04030201, 1<<31 - 1, 1 << 31, 1<<31 + 1, 0xfffefdfc, most - 1, most}
-}
-
-// wrongBallots are numbers that neither may be; the lower bytes of some are a ballot.
-func wrongBallots() []int {
-	all := append(room.Ends(), most+1, most+2, most+3, most+259, 2*most+1, 2*most+2, 1<<40+5, 1<<48+1, -most, -most-1, -most-2, -3)
-	return slices.DeleteFunc(all, func(n int) bool { return 0 <= n && n <= most })
-}
-
 // right are many that may be, Blank the first of them.
 func right() []api.Super {
 	all := []api.Super{{}}
-	for _, fence := range ballots() {
-		for _, dealt := range ballots() {
+	for _, fence := range room.Ballots() {
+		for _, dealt := range room.Ballots() {
 			if dealt <= fence {
 				all = append(all, sound(fence, dealt), suspect(fence, dealt))
 			}
@@ -77,8 +66,8 @@ func right() []api.Super {
 // wrong are many that may not be: each breaks one bound or more.
 func wrong() []api.Super {
 	var all []api.Super
-	for _, fence := range ballots() {
-		for _, dealt := range ballots() {
+	for _, fence := range room.Ballots() {
+		for _, dealt := range room.Ballots() {
 			for _, state := range append(room.Ends(), 0, 3, 4, 83, 255, 256, 257, 258, 513, 1<<16+1, 1<<32+1, 1<<32+2) {
 				all = append(all, api.Super{Fence: fence, Dealt: dealt, State: state})
 			}
@@ -87,8 +76,8 @@ func wrong() []api.Super {
 			}
 		}
 	}
-	for _, n := range wrongBallots() {
-		for _, other := range append(wrongBallots(), ballots()...) {
+	for _, n := range room.WrongBallots() {
+		for _, other := range append(room.WrongBallots(), room.Ballots()...) {
 			for state := range 4 {
 				all = append(all, api.Super{Fence: n, Dealt: other, State: state}, api.Super{Fence: other, Dealt: n, State: state})
 			}
@@ -246,8 +235,8 @@ func TestGetOfAnotherState(t *testing.T) {
 }
 
 func TestGetOfDealtAboveFence(t *testing.T) {
-	for _, fence := range ballots() {
-		for _, dealt := range ballots() {
+	for _, fence := range room.Ballots() {
+		for _, dealt := range room.Ballots() {
 			for state := byte(1); state < 3; state++ {
 				b := room.Sealed(payload(83, state, uint32(fence), uint32(dealt)))
 				if got := getsNot(b); got != (dealt > fence) {

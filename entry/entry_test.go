@@ -241,63 +241,21 @@ func TestGetOfFewerSectors(t *testing.T) {
 		t.Error("Get of no sectors tells something")
 	}
 	for _, l := range room.RightChanges() {
-		all := room.ChangesSectors(l)
-		for n := range all {
-			if !getsNot(all[:n]) || !getsNot(all[:n:n]) || !getsNot(all[n+1:]) { // the first one has what lacks as spare room
-				t.Fatalf("Get of %d of the %d sectors of %v tells something", n, len(all), l)
+		room.EachShort(room.ChangesSectors(l), func(short [][]byte) {
+			if !getsNot(short) {
+				t.Fatalf("Get of %d sectors of %v tells something", len(short), l)
 			}
-			if !getsNot(slices.Delete(slices.Clone(all), n, n+1)) {
-				t.Fatalf("Get of the sectors of %v but number %d tells something", l, n)
-			}
-		}
+		})
 	}
 }
 
-func TestGetOfOthersForASector(t *testing.T) {
+func TestGetOfSpoiltSectors(t *testing.T) {
 	for _, l := range room.FewChanges() {
-		all := room.ChangesSectors(l)
-		for k, own := range all {
-			b := bytes.Clone(own)
-			others := append(room.NoSectors(), b[:63], b[:60], b[:1], b[1:], append(b[:64:64], 0), append([]byte{0}, b...), slices.Concat(b, b))
-			for n := range all {
-				if n != k {
-					others = append(others, bytes.Clone(all[n]))
-				}
+		room.EachSpoilt(room.ChangesSectors(l), func(spoilt [][]byte, how string) {
+			if !getsNot(spoilt) {
+				t.Errorf("Get of the sectors of %v, of which %s, tells something: %v", l, how, spoilt)
 			}
-			for _, other := range others {
-				all[k] = other
-				if !getsNot(all) && !bytes.Equal(other, own) {
-					t.Errorf("Get of the sectors of %v with %v as number %d tells something", l, other, k)
-				}
-			}
-			all[k] = own
-		}
-		if !gets(all, l) {
-			t.Errorf("Get of the sectors of %v tells others", l)
-		}
-	}
-}
-
-func TestGetOfSectorsInAnotherOrder(t *testing.T) {
-	for _, l := range room.FewChanges() {
-		all := room.ChangesSectors(l)
-		for a := range all {
-			for b := range a {
-				all[a], all[b] = all[b], all[a]
-				if !getsNot(all) {
-					t.Errorf("Get of the sectors of %v, %d and %d changed, tells something", l, a, b)
-				}
-				all[a], all[b] = all[b], all[a]
-			}
-			if !getsNot(slices.Insert(slices.Clone(all), a, all[a])) && a < len(all)-1 { // the last one twice: once as what stands behind
-				t.Errorf("Get of the sectors of %v, %d twice, tells something", l, a)
-			}
-		}
-		for _, other := range room.NoSectors() {
-			if !getsNot(slices.Insert(slices.Clone(all), 0, other)) {
-				t.Errorf("Get of %v, and behind it the sectors of %v, tells something", other, l)
-			}
-		}
+		})
 	}
 }
 

@@ -38,21 +38,21 @@ func Same(a, b [][]byte) bool {
 
 // Of tells a list of some bytes with marked spare room behind it, and what tells whether all of that is as it was.
 func Of(p ...byte) ([]byte, func() bool) {
-	return marked(p, 170, 171, 172, 173)
+	return Marked(p, 170, 171, 172, 173)
 }
 
 // Texts tells a list of some texts with marked spare room behind it, and what tells whether all of that is as it was.
 func Texts(p ...string) ([]string, func() bool) {
-	return marked(p, "spare 0", "spare 1", "spare 2", "spare 3")
+	return Marked(p, "spare 0", "spare 1", "spare 2", "spare 3")
 }
 
 // Numbers tells a list of some numbers with marked spare room behind it, and what tells whether all of that is as it was.
 func Numbers(p ...int) ([]int, func() bool) {
-	return marked(p, -170, -171, -172, -173)
+	return Marked(p, -170, -171, -172, -173)
 }
 
-// marked tells a list with marks in its spare room, and what tells whether all of that is as it was.
-func marked[T comparable](p []T, marks ...T) ([]T, func() bool) {
+// Marked tells a list of some things with marks in spare room behind it, and what tells whether all of that is as it was.
+func Marked[T comparable](p []T, marks ...T) ([]T, func() bool) {
 	whole := slices.Concat(p, marks)
 	before := slices.Clone(whole)
 	return whole[:len(p)], func() bool { return slices.Equal(whole, before) }

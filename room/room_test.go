@@ -168,6 +168,42 @@ func TestNumbersIsACopy(t *testing.T) {
 	}
 }
 
+// pair is a thing of two fields.
+type pair struct{ a, b int }
+
+func TestMarkedSeesChanges(t *testing.T) {
+	marks := []pair{{170, 1}, {171, 2}}
+	for _, p := range [][]pair{nil, {{0, 0}}, {{1, 2}, {2, 1}, {1, 2}}} {
+		list, unchanged := Marked(p, marks...)
+		if !slices.Equal(list, p) || cap(list) < len(p)+len(marks) || !unchanged() {
+			t.Fatalf("Marked of %v: %v", p, list)
+		}
+		all := list[:len(p)+len(marks)]
+		if !slices.Equal(all[len(p):], marks) {
+			t.Errorf("Marked of %v: behind it %v, want %v", p, all[len(p):], marks)
+		}
+		for k, was := range all {
+			for _, other := range []pair{{was.a + 1, was.b}, {was.a, was.b - 1}, {-1, -1}} {
+				if all[k] = other; unchanged() {
+					t.Errorf("Marked of %v: %v at place %d is not seen", p, other, k)
+				}
+			}
+			all[k] = was
+		}
+		if !unchanged() {
+			t.Errorf("Marked of %v: changed back", p)
+		}
+	}
+}
+
+func TestMarkedIsACopy(t *testing.T) {
+	p := []pair{{1, 1}, {2, 2}, {3, 3}, {4, 4}}
+	list, unchanged := Marked(p[:1], p[1:2]...)
+	if p[0], p[1], p[2] = (pair{7, 7}), (pair{8, 8}), (pair{9, 9}); !unchanged() || list[0] != (pair{1, 1}) {
+		t.Error("Marked shares memory with what it was given")
+	}
+}
+
 func TestOfIsACopy(t *testing.T) {
 	p := []byte{1, 2, 3, 4, 5, 6, 7, 8}
 	list, unchanged := Of(p[:3]...)

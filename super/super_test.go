@@ -18,15 +18,6 @@ var table = crc.New()
 // most is the greatest Fence, and the greatest Dealt.
 const most = 1<<32 - 1
 
-// sound and suspect tell what is so.
-func sound(fence, dealt int) api.Super {
-	return api.Super{Fence: fence, Dealt: dealt, State: 1}
-}
-
-func suspect(fence, dealt int) api.Super {
-	return api.Super{Fence: fence, Dealt: dealt, State: 2}
-}
-
 // mayBe is whether something may be, by the document's words.
 func mayBe(s api.Super) bool {
 	if s.State == 0 {
@@ -42,50 +33,6 @@ func payload(first, state byte, fence, dealt uint32) []byte {
 	return binary.BigEndian.AppendUint32(b, dealt)
 }
 
-// sectorOf is the sector of what may be, by the document's words.
-func sectorOf(s api.Super) []byte {
-	if s.State == 0 {
-		return make([]byte, 64)
-	}
-	return room.Sealed(payload(83, byte(s.State), uint32(s.Fence), uint32(s.Dealt)))
-}
-
-// right are many that may be, Blank the first of them.
-func right() []api.Super {
-	all := []api.Super{{}}
-	for _, fence := range room.Ballots() {
-		for _, dealt := range room.Ballots() {
-			if dealt <= fence {
-				all = append(all, sound(fence, dealt), suspect(fence, dealt))
-			}
-		}
-	}
-	return all
-}
-
-// wrong are many that may not be: each breaks one bound or more.
-func wrong() []api.Super {
-	var all []api.Super
-	for _, fence := range room.Ballots() {
-		for _, dealt := range room.Ballots() {
-			for _, state := range append(room.Ends(), 0, 3, 4, 83, 255, 256, 257, 258, 513, 1<<16+1, 1<<32+1, 1<<32+2) {
-				all = append(all, api.Super{Fence: fence, Dealt: dealt, State: state})
-			}
-			if dealt > fence {
-				all = append(all, sound(fence, dealt), suspect(fence, dealt))
-			}
-		}
-	}
-	for _, n := range room.WrongBallots() {
-		for _, other := range append(room.WrongBallots(), room.Ballots()...) {
-			for state := range 4 {
-				all = append(all, api.Super{Fence: n, Dealt: other, State: state}, api.Super{Fence: other, Dealt: n, State: state})
-			}
-		}
-	}
-	return slices.DeleteFunc(all, func(s api.Super) bool { return s == api.Super{} })
-}
-
 // P17.1
 
 func TestRightOfKnownOnes(t *testing.T) {
@@ -94,9 +41,9 @@ func TestRightOfKnownOnes(t *testing.T) {
 		want bool
 	}{
 		{api.Super{}, true}, {api.Super{State: api.Blank}, true}, {api.Super{State: api.Sound}, true}, {api.Super{State: api.Suspect}, true},
-		{sound(5, 3), true}, {sound(5, 5), true}, {sound(5, 6), false}, {suspect(5, 5), true}, {suspect(5, 6), false}, {sound(0, 1), false},
-		{sound(most, 0), true}, {sound(most, most), true}, {sound(most+1, 0), false}, {sound(most+1, most), false}, {sound(most, most+1), false}, {sound(most+1, most+1), false},
-		{sound(5, -1), false}, {sound(-1, -1), false}, {sound(-1, -2), false}, {suspect(-1, 0), false}, {suspect(0, -1), false},
+		{room.Sound(5, 3), true}, {room.Sound(5, 5), true}, {room.Sound(5, 6), false}, {room.Suspect(5, 5), true}, {room.Suspect(5, 6), false}, {room.Sound(0, 1), false},
+		{room.Sound(most, 0), true}, {room.Sound(most, most), true}, {room.Sound(most+1, 0), false}, {room.Sound(most+1, most), false}, {room.Sound(most, most+1), false}, {room.Sound(most+1, most+1), false},
+		{room.Sound(5, -1), false}, {room.Sound(-1, -1), false}, {room.Sound(-1, -2), false}, {room.Suspect(-1, 0), false}, {room.Suspect(0, -1), false},
 		{api.Super{Fence: 1}, false}, {api.Super{Dealt: 1}, false}, {api.Super{Fence: 1, Dealt: 1}, false}, {api.Super{Fence: most}, false}, {api.Super{Fence: -1}, false}, {api.Super{Dealt: -1}, false},
 		{api.Super{State: 3}, false}, {api.Super{State: -1}, false}, {api.Super{State: 256}, false}, {api.Super{State: 257}, false}, {api.Super{Fence: 5, Dealt: 3, State: 258}, false},
 		{api.Super{Fence: math.MaxInt, Dealt: math.MaxInt, State: math.MaxInt}, false}, {api.Super{Fence: math.MinInt, Dealt: math.MinInt, State: math.MinInt}, false},
@@ -108,12 +55,12 @@ func TestRightOfKnownOnes(t *testing.T) {
 }
 
 func TestRightOfManyOnes(t *testing.T) {
-	for _, s := range right() {
+	for _, s := range room.RightSupers() {
 		if !mayBe(s) || !Right(s) {
 			t.Errorf("Right of %v: false", s)
 		}
 	}
-	for _, s := range wrong() {
+	for _, s := range room.WrongSupers() {
 		if mayBe(s) || Right(s) {
 			t.Errorf("Right of %v: true", s)
 		}
@@ -136,10 +83,10 @@ func TestPutOfKnownOnes(t *testing.T) {
 		begin, sum []byte
 	}{
 		{api.Super{}, nil, []byte{0, 0, 0, 0}},
-		{sound(0, 0), []byte{83, 1}, []byte{254, 137, 247, 158}},
-		{sound(258, 3), []byte{83, 1, 0, 0, 1, 2, 0, 0, 0, 3}, []byte{253, 238, 87, 66}},
-		{suspect(0x01020304, 0x01020303), []byte{83, 2, 1, 2, 3, 4, 1, 2, 3, 3}, []byte{88, 11, 115, 51}},
-		{suspect(most, most), []byte{83, 2, 255, 255, 255, 255, 255, 255, 255, 255}, []byte{12, 136, 94, 214}},
+		{room.Sound(0, 0), []byte{83, 1}, []byte{254, 137, 247, 158}},
+		{room.Sound(258, 3), []byte{83, 1, 0, 0, 1, 2, 0, 0, 0, 3}, []byte{253, 238, 87, 66}},
+		{room.Suspect(0x01020304, 0x01020303), []byte{83, 2, 1, 2, 3, 4, 1, 2, 3, 3}, []byte{88, 11, 115, 51}},
+		{room.Suspect(most, most), []byte{83, 2, 255, 255, 255, 255, 255, 255, 255, 255}, []byte{12, 136, 94, 214}},
 	} {
 		want := slices.Concat(test.begin, make([]byte, 60-len(test.begin)), test.sum)
 		if got := Put(table, test.s); !bytes.Equal(got, want) {
@@ -155,15 +102,15 @@ func TestPutOfWhatIsBlankIsClear(t *testing.T) {
 }
 
 func TestPutOfWhatMayBe(t *testing.T) {
-	for _, s := range right() {
-		if got, want := Put(table, s), sectorOf(s); !bytes.Equal(got, want) {
+	for _, s := range room.RightSupers() {
+		if got, want := Put(table, s), room.SuperSector(s); !bytes.Equal(got, want) {
 			t.Errorf("Put of %v: %v, want %v", s, got, want)
 		}
 	}
 }
 
 func TestPutOfWhatIsNotBlankIsSealed(t *testing.T) {
-	for _, s := range right()[1:] {
+	for _, s := range room.RightSupers()[1:] {
 		if b, ok := sector.Open(table, Put(table, s)); !ok || b[0] != 83 {
 			t.Errorf("Put of %v is not sealed, or of another kind", s)
 		}
@@ -171,7 +118,7 @@ func TestPutOfWhatIsNotBlankIsSealed(t *testing.T) {
 }
 
 func TestPutOfOthersIsNothing(t *testing.T) {
-	for _, s := range wrong() {
+	for _, s := range room.WrongSupers() {
 		if got := Put(table, s); len(got) != 0 {
 			t.Errorf("Put of %v: %v", s, got)
 		}
@@ -181,7 +128,7 @@ func TestPutOfOthersIsNothing(t *testing.T) {
 // P17.2
 
 func TestGetOfPutIsWhatWasPut(t *testing.T) {
-	for _, s := range right() {
+	for _, s := range room.RightSupers() {
 		if got, ok := Get(table, Put(table, s)); !ok || got != s {
 			t.Errorf("Get of Put of %v: %v, %t", s, got, ok)
 		}
@@ -197,9 +144,9 @@ func TestGetOfPutIsWhatWasPut(t *testing.T) {
 }
 
 func TestGetOfSectorsByTheirWords(t *testing.T) {
-	for _, s := range right() {
-		if got, ok := Get(table, sectorOf(s)); !ok || got != s {
-			t.Errorf("Get of %v: %v, %t, want %v", sectorOf(s), got, ok, s)
+	for _, s := range room.RightSupers() {
+		if got, ok := Get(table, room.SuperSector(s)); !ok || got != s {
+			t.Errorf("Get of %v: %v, %t, want %v", room.SuperSector(s), got, ok, s)
 		}
 	}
 }
@@ -212,7 +159,7 @@ func getsNot(b []byte) bool {
 
 func TestGetOfAnotherKind(t *testing.T) {
 	for first := range 256 {
-		for _, s := range []api.Super{{}, sound(0, 0), sound(258, 3), suspect(most, most)} {
+		for _, s := range []api.Super{{}, room.Sound(0, 0), room.Sound(258, 3), room.Suspect(most, most)} {
 			b := room.Sealed(payload(byte(first), byte(s.State), uint32(s.Fence), uint32(s.Dealt)))
 			if got := getsNot(b); got != (first != 83 || s.State == 0) {
 				t.Errorf("Get of %v", b)
@@ -248,10 +195,10 @@ func TestGetOfDealtAboveFence(t *testing.T) {
 }
 
 func TestGetOfBytesBehind(t *testing.T) {
-	for _, s := range []api.Super{sound(0, 0), sound(258, 3), suspect(most, most)} {
+	for _, s := range []api.Super{room.Sound(0, 0), room.Sound(258, 3), room.Suspect(most, most)} {
 		for place := 10; place < 60; place++ {
 			for more := 1; more < 256; more++ {
-				b := sectorOf(s)[:60]
+				b := room.SuperSector(s)[:60]
 				b[place] = byte(more)
 				if !getsNot(room.Sealed(b)) {
 					t.Errorf("Get of %v, sealed", b)
@@ -278,8 +225,8 @@ func TestGetOfSealedSectorsOfOthers(t *testing.T) {
 }
 
 func TestGetOfAnotherSum(t *testing.T) {
-	for _, s := range right() {
-		b := sectorOf(s)
+	for _, s := range room.RightSupers() {
+		b := room.SuperSector(s)
 		for k := 60; k < 64; k++ {
 			for _, change := range []byte{1, 2, 16, 128, 255} {
 				b[k] ^= change
@@ -290,9 +237,9 @@ func TestGetOfAnotherSum(t *testing.T) {
 			}
 		}
 	}
-	for _, s := range right()[1:] {
-		b := append(sectorOf(s)[:60], 0, 0, 0, 0)
-		highestFirst := sectorOf(s)
+	for _, s := range room.RightSupers()[1:] {
+		b := append(room.SuperSector(s)[:60], 0, 0, 0, 0)
+		highestFirst := room.SuperSector(s)
 		slices.Reverse(highestFirst[60:])
 		if !getsNot(b) || !getsNot(highestFirst) {
 			t.Errorf("Get of %v, or with the sum's highest byte first", b)
@@ -304,8 +251,8 @@ func TestGetOfBytesThatAreNoSector(t *testing.T) {
 	if !getsNot(nil) || !getsNot([]byte{}) {
 		t.Error("Get of no bytes tells something")
 	}
-	for _, s := range []api.Super{{}, sound(0, 0), sound(258, 3), suspect(most, most)} {
-		b := sectorOf(s)
+	for _, s := range []api.Super{{}, room.Sound(0, 0), room.Sound(258, 3), room.Suspect(most, most)} {
+		b := room.SuperSector(s)
 		for n := range 64 {
 			if !getsNot(b[:n:n]) || !getsNot(b[64-n:]) || !getsNot(b[:n]) { // the last one has what lacks as spare room
 				t.Errorf("Get of %d bytes of %v tells something", n, b)
@@ -339,8 +286,8 @@ func TestGetOfANearlyClearSector(t *testing.T) {
 			}
 		}
 	}
-	for _, s := range right()[1:] {
-		b := sectorOf(s)
+	for _, s := range room.RightSupers()[1:] {
+		b := room.SuperSector(s)
 		clear(b[10:])
 		if !getsNot(b) {
 			t.Errorf("Get of %v", b)
@@ -349,8 +296,8 @@ func TestGetOfANearlyClearSector(t *testing.T) {
 }
 
 func TestGetWhenBitsTurn(t *testing.T) {
-	for _, s := range []api.Super{{}, sound(0, 0), sound(258, 3), suspect(most, most)} {
-		b := sectorOf(s)
+	for _, s := range []api.Super{{}, room.Sound(0, 0), room.Sound(258, 3), room.Suspect(most, most)} {
+		b := room.SuperSector(s)
 		room.EachTurn(b, func(turned []byte, bit int, mask uint64) {
 			if !getsNot(turned) {
 				t.Fatalf("Get of %v with the bits %b from %d on turned", b, mask, bit)
@@ -388,8 +335,8 @@ func TestGetOfMixedSectors(t *testing.T) {
 // sectors are many that Put could have told, and many other bytes.
 func sectors() [][]byte {
 	all := [][]byte{nil, {}, {83}, {83, 1}, make([]byte, 63), make([]byte, 65), room.Some(64, 1), bytes.Repeat([]byte{255}, 64), room.Some(500, 1), room.Sealed(nil), room.Sealed([]byte{83})}
-	for _, s := range right() {
-		all = append(all, sectorOf(s), sectorOf(s)[:60])
+	for _, s := range room.RightSupers() {
+		all = append(all, room.SuperSector(s), room.SuperSector(s)[:60])
 	}
 	return all
 }
@@ -403,7 +350,7 @@ func TestWhatIsHandedInIsNotChanged(t *testing.T) {
 			t.Errorf("%v, or its spare room, was changed", b)
 		}
 	}
-	for _, s := range right() {
+	for _, s := range room.RightSupers() {
 		Put(table, s)
 	}
 	if *table != before {
@@ -412,25 +359,25 @@ func TestWhatIsHandedInIsNotChanged(t *testing.T) {
 }
 
 func TestAnswersShareNoMemory(t *testing.T) {
-	for _, s := range []api.Super{{}, sound(0, 0), suspect(258, 3)} {
+	for _, s := range []api.Super{{}, room.Sound(0, 0), room.Suspect(258, 3)} {
 		if k := room.Shared(Put(table, s), Put(table, s), Put(table, s)); k >= 0 {
 			t.Errorf("Put of %v: list %d shares memory with one ahead of it", s, k)
 		}
-		if got := Put(table, s); !bytes.Equal(got, sectorOf(s)) {
+		if got := Put(table, s); !bytes.Equal(got, room.SuperSector(s)) {
 			t.Errorf("Put of %v, when those of before were written over: %v", s, got)
 		}
 	}
-	b := sectorOf(sound(258, 3))
+	b := room.SuperSector(room.Sound(258, 3))
 	got, _ := Get(table, b)
 	clear(b)
-	if got != sound(258, 3) {
+	if got != room.Sound(258, 3) {
 		t.Errorf("Get's answer has changed with the sector: %v", got)
 	}
 }
 
 func TestAnswersHangOnArgumentsAlone(t *testing.T) {
 	other := crc.New()
-	for _, s := range append(right(), sound(3, 4), api.Super{State: 3}) {
+	for _, s := range append(room.RightSupers(), room.Sound(3, 4), api.Super{State: 3}) {
 		if !bytes.Equal(Put(table, s), Put(other, s)) {
 			t.Errorf("Put of %v is another with another table", s)
 		}
@@ -445,7 +392,7 @@ func TestAnswersHangOnArgumentsAlone(t *testing.T) {
 
 func TestNoCallPanicsWithoutATable(t *testing.T) {
 	for _, c := range []*crc.Table{nil, {}} {
-		for _, s := range append(right(), wrong()[:1000]...) {
+		for _, s := range append(room.RightSupers(), room.WrongSupers()[:1000]...) {
 			Get(c, Put(c, s))
 		}
 		for _, b := range sectors() {
@@ -455,11 +402,11 @@ func TestNoCallPanicsWithoutATable(t *testing.T) {
 }
 
 func TestWhatNeedsNoSumNeedsNoTable(t *testing.T) {
-	for _, s := range right()[1:] {
+	for _, s := range room.RightSupers()[1:] {
 		if got := Put(nil, s); len(got) != 0 {
 			t.Errorf("Put of %v without a table: %v", s, got)
 		}
-		if got, ok := Get(nil, sectorOf(s)); ok || got != (api.Super{}) {
+		if got, ok := Get(nil, room.SuperSector(s)); ok || got != (api.Super{}) {
 			t.Errorf("Get of the sector of %v without a table: %v", s, got)
 		}
 	}

@@ -54,26 +54,6 @@ func sizes(l []api.Change) []int {
 	return slices.Compact([]int{least(l), 512})
 }
 
-// doWrites tells the sectors that Do of changes writes, and what they become, by the document's words.
-func doWrites(l []api.Change) []api.Change {
-	if len(l) == 0 {
-		return nil
-	}
-	sectors := room.ChangesSectors(l)
-	bodies := sectors[1:]
-	var all []api.Change
-	for k, b := range bodies {
-		all = append(all, api.Change{At: 2 + k, Data: b})
-	}
-	all = append(all, api.Change{At: 1, Data: sectors[0]})
-	all = append(all, l...)
-	all = append(all, api.Change{At: 1})
-	for k := range bodies {
-		all = append(all, api.Change{At: 2 + k})
-	}
-	return all
-}
-
 // recoverWrites tells the sectors that Recover of a disk writes, and what they become, if some changes were begun on it, by the document's words.
 func recoverWrites(d *disk.Disk, l []api.Change) []api.Change {
 	all := slices.Clone(l)
@@ -83,22 +63,6 @@ func recoverWrites(d *disk.Disk, l []api.Change) []api.Change {
 		}
 	}
 	return all
-}
-
-// put changes a disk's bytes as a write of a sector does.
-func put(image []byte, c api.Change) {
-	own := image[64*c.At : 64*c.At+64]
-	clear(own)
-	copy(own, c.Data)
-}
-
-// behind tells a disk's bytes behind some writes.
-func behind(image []byte, writes []api.Change) []byte {
-	image = bytes.Clone(image)
-	for _, c := range writes {
-		put(image, c)
-	}
-	return image
 }
 
 // writesJust tells whether a call writes just some sectors of copies of a disk, one behind the other, for however many of them the power lasts, and tells OK, or ErrPower.
@@ -114,7 +78,7 @@ func writesJust(d *disk.Disk, want []api.Change, call func(c *disk.Disk) api.Err
 			}
 		}
 		if power < len(want) {
-			put(image, want[power])
+			image = room.Written(image, want[power:power+1])
 		}
 	}
 	c := d.Copy()
@@ -162,7 +126,7 @@ func TestDoOfOneChangeWithoutBytes(t *testing.T) {
 		if d.Write(0, nil) {
 			t.Errorf("Do of %v writes fewer than five sectors", l)
 		}
-		if c := someDisk(37); !writesJust(c, doWrites(l), do(l)) {
+		if c := someDisk(37); !writesJust(c, room.JournalWrites(l), do(l)) {
 			t.Errorf("Do of %v writes other sectors, or tells another error", l)
 		}
 	}
@@ -191,7 +155,7 @@ func TestDoOfKnownChanges(t *testing.T) {
 func TestDoWritesSectorBySector(t *testing.T) {
 	for _, l := range room.RightChanges() {
 		for _, size := range sizes(l) {
-			if !writesJust(someDisk(size), doWrites(l), do(l)) {
+			if !writesJust(someDisk(size), room.JournalWrites(l), do(l)) {
 				t.Errorf("Do of %v on %d sectors writes other sectors, or tells another error", l, size)
 			}
 		}
@@ -202,7 +166,7 @@ func TestDoOfWhatIsThereAlready(t *testing.T) {
 	for _, l := range room.FewChanges() {
 		d := someDisk(512)
 		for range 3 { // it writes each time as much
-			if !writesJust(d, doWrites(l), do(l)) || Do(table, d, l) != api.OK || !Clean(d) {
+			if !writesJust(d, room.JournalWrites(l), do(l)) || Do(table, d, l) != api.OK || !Clean(d) {
 				t.Errorf("Do of %v once more writes other sectors, or tells another error", l)
 			}
 		}
@@ -222,7 +186,7 @@ func TestDoOfChangesThatMayNotBe(t *testing.T) {
 	disks := append(smallDisks(), someDisk(34), someDisk(40), someDisk(512))
 	room.EachFaulty(func(l []api.Change, want api.Errno) {
 		if want == api.OK {
-			if !writesJust(someDisk(least(l)), doWrites(l), do(l)) {
+			if !writesJust(someDisk(least(l)), room.JournalWrites(l), do(l)) {
 				t.Errorf("Do of %v writes other sectors, or tells another error", l)
 			}
 			return
@@ -279,7 +243,7 @@ func TestDoOfADiskWithoutRoomForTheJournal(t *testing.T) {
 		}
 	}
 	l := []api.Change{room.FullChange(0)}
-	if !writesJust(someDisk(34), doWrites(l), do(l)) {
+	if !writesJust(someDisk(34), room.JournalWrites(l), do(l)) {
 		t.Error("Do on 34 sectors writes others, or tells another error")
 	}
 }
@@ -294,7 +258,7 @@ func TestDoOfAChangeThatTheDiskHasNot(t *testing.T) {
 			}
 		}
 		for _, l := range [][]api.Change{{{At: size - 1}}, {full(size - 1), full(0)}} {
-			if size > 34 && !writesJust(d, doWrites(l), do(l)) {
+			if size > 34 && !writesJust(d, room.JournalWrites(l), do(l)) {
 				t.Errorf("Do of %v on %d sectors writes others, or tells another error", l, size)
 			}
 		}
@@ -541,9 +505,9 @@ func TestAllChangesOrNoneWhereverThePowerFails(t *testing.T) {
 	for _, l := range someChanges() {
 		d := someDisk(least(l))
 		none := d.Image()
-		all := behind(none, l)
+		all := room.Written(none, l)
 		bodies := len(room.ChangesSectors(l)) - 1
-		for power := range len(doWrites(l)) + 2 {
+		for power := range len(room.JournalWrites(l)) + 2 {
 			c := d.Copy()
 			c.Power(power)
 			e := Do(table, c, l)
@@ -569,8 +533,8 @@ func TestAllOfManyChangesOrNone(t *testing.T) {
 		l := lists[(7*seed+int(b[0]))%len(lists)]
 		d := someDisk(least(l))
 		none := d.Image()
-		all := behind(none, l)
-		d.Power(int(b[1]) * (len(doWrites(l)) + 1) / 256)
+		all := room.Written(none, l)
+		d.Power(int(b[1]) * (len(room.JournalWrites(l)) + 1) / 256)
 		if b[2]%3 == 0 { // while the bodies are written
 			d.Power(int(b[1]) % len(room.ChangesSectors(l)))
 		}
@@ -606,7 +570,7 @@ func TestManyOneBehindTheOther(t *testing.T) {
 			for n := 3; told != api.OK && Recover(table, d) != api.OK; n++ { // what told OK needs no Recover
 				d.Power(int(b[n%8] % 16))
 			}
-			all := behind(image, l)
+			all := room.Written(image, l)
 			if done := bytes.Equal(d.Image(), all); !done && (told == api.OK || !bytes.Equal(d.Image(), image)) || !Clean(d) {
 				t.Fatalf("seed %d, number %d, which told %d: neither all nor none, or the journal is not clean", seed, k, told)
 			} else if done {

@@ -176,3 +176,34 @@ func TextPayloads(text []byte) [][]byte {
 func ChangesSectors(l []api.Change) [][]byte {
 	return AllSealed(TextPayloads(ChangesText(l)))
 }
+
+// JournalWrites tells the sectors that the journal writes when it does changes, one by one, and what they become, by its words.
+func JournalWrites(l []api.Change) []api.Change {
+	if len(l) == 0 {
+		return nil
+	}
+	sectors := ChangesSectors(l)
+	bodies := sectors[1:]
+	var all []api.Change
+	for k, b := range bodies {
+		all = append(all, api.Change{At: 2 + k, Data: b})
+	}
+	all = append(all, api.Change{At: 1, Data: sectors[0]})
+	all = append(all, l...)
+	all = append(all, api.Change{At: 1})
+	for k := range bodies {
+		all = append(all, api.Change{At: 2 + k})
+	}
+	return all
+}
+
+// Written tells a disk's bytes behind some writes.
+func Written(image []byte, writes []api.Change) []byte {
+	image = bytes.Clone(image)
+	for _, c := range writes {
+		own := image[api.Sector*c.At : api.Sector*c.At+api.Sector]
+		clear(own)
+		copy(own, c.Data)
+	}
+	return image
+}

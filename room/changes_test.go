@@ -9,7 +9,9 @@ import (
 
 	"sherd/api"
 	"sherd/crc"
+	"sherd/disk"
 	"sherd/entry"
+	"sherd/journal"
 )
 
 func TestChangesAreUnlikeAndMixed(t *testing.T) {
@@ -162,6 +164,47 @@ func TestChangesSectors(t *testing.T) {
 				t.Errorf("of a text of %d bytes: %v as body %d", n, body, k)
 			}
 		}
+	}
+}
+
+func TestJournalWrites(t *testing.T) {
+	if got := JournalWrites(nil); len(got) != 0 {
+		t.Errorf("JournalWrites without changes: %v", got)
+	}
+	l := []api.Change{FullChange(0), {At: 34}}
+	sectors := ChangesSectors(l)
+	want := []api.Change{{At: 2, Data: sectors[1]}, {At: 3, Data: sectors[2]}, {At: 1, Data: sectors[0]}, l[0], l[1], {At: 1}, {At: 2}, {At: 3}}
+	if got := JournalWrites(l); !SameChanges(got, want) || len(sectors) != 3 {
+		t.Errorf("JournalWrites of %v: %v, want %v", l, got, want)
+	}
+	for _, l := range RightChanges() {
+		list, unchanged := MarkedChanges(l)
+		writes := JournalWrites(list)
+		d := disk.New(512)
+		d.Power(len(writes))
+		if e := journal.Do(crc.New(), d, l); e != api.OK || d.Write(0, nil) || !bytes.Equal(d.Image(), Written(make([]byte, 64*512), writes)) || !unchanged() {
+			t.Errorf("JournalWrites of %v: %d writes", l, len(writes))
+		}
+	}
+}
+
+func TestWritten(t *testing.T) {
+	image := Some(64*3, 1)
+	list, unchanged := Of(image...)
+	other := FullChange(1).Data
+	for _, test := range []struct {
+		l    []api.Change
+		want []byte
+	}{
+		{nil, image},
+		{[]api.Change{{At: 1, Data: other}}, slices.Concat(image[:64], other, image[128:])},
+		{[]api.Change{{At: 0}}, slices.Concat(make([]byte, 64), image[64:])},
+		{[]api.Change{{At: 2, Data: other}, {At: 0, Data: other}, {At: 2}}, slices.Concat(other, image[64:128], make([]byte, 64))},
+	} {
+		if got := Written(list, test.l); !bytes.Equal(got, test.want) || !unchanged() || Shared(list, got) != -1 {
+			t.Errorf("Written with %v: %v, want %v, and one of its own", test.l, got, test.want)
+		}
+		list, unchanged = Of(image...)
 	}
 }
 

@@ -26,11 +26,15 @@ func Filled(payload []byte, sum ...byte) []byte {
 	return slices.Concat(payload, make([]byte, api.Payload-len(payload)), sum)
 }
 
-// Sealed tells a sealed sector by its words: a payload, bytes 0 up to the sixtieth, and their sum, the lowest byte first.
+// WithSum tells bytes, and their sum by its words behind them, the lowest byte first.
+func WithSum(b []byte) []byte {
+	sum := Sum(b)
+	return slices.Concat(b, []byte{byte(sum), byte(sum >> 8), byte(sum >> 16), byte(sum >> 24)})
+}
+
+// Sealed tells a sealed sector by its words: a payload, bytes 0 up to the sixtieth, and their sum.
 func Sealed(payload []byte) []byte {
-	ahead := Filled(payload)
-	sum := Sum(ahead)
-	return append(ahead, byte(sum), byte(sum>>8), byte(sum>>16), byte(sum>>24))
+	return WithSum(Filled(payload))
 }
 
 // AllSealed tells the sealed sectors of payloads.

@@ -20,6 +20,20 @@ func TestSum(t *testing.T) {
 	}
 }
 
+func TestWithSum(t *testing.T) {
+	for n := range 300 {
+		for _, b := range Tapes(n) {
+			list, unchanged := Of(b...)
+			got := WithSum(list)
+			sum := crc32.ChecksumIEEE(b)
+			want := slices.Concat(b, []byte{byte(sum), byte(sum >> 8), byte(sum >> 16), byte(sum >> 24)})
+			if !bytes.Equal(got, want) || !unchanged() || Shared(list, got) != -1 {
+				t.Errorf("WithSum of %v: %v, want %v, and one of its own", b, got, want)
+			}
+		}
+	}
+}
+
 func TestSealed(t *testing.T) {
 	for n := range 61 {
 		for _, b := range Tapes(n) {
